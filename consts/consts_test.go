@@ -11,6 +11,7 @@ import (
 	"creel/consts"
 	"creel/instr"
 	"creel/scan"
+	"creel/trial"
 	"creel/types"
 )
 
@@ -224,31 +225,16 @@ func try(s *scan.Scanner) (api.Instr, abort.Stop) {
 	return abort.Value(func() api.Instr { return consts.Read(s) })
 }
 
-// place is a scanner that stands before some bytes, and the offset that it has there.
-type place struct {
-	s  *scan.Scanner
-	at int
-}
-
-// places are before some bytes alone, behind others, and in a part of others.
-func places(b []byte) []place {
-	behind := scan.Over(slices.Concat([]byte{0x41, 0x0b}, b))
-	behind.Bytes(2)
-	outer := scan.Over(slices.Concat([]byte{0x41}, b, []byte{0x00, 0x0b}))
-	outer.Byte()
-	return []place{{scan.Over(b), 0}, {behind, 2}, {outer.Sub(len(b)), 0}}
-}
-
 // checkRead checks that bytes begin with an expression of so many bytes.
 func checkRead(t *testing.T, b []byte, want api.Instr, n int) {
 	t.Helper()
-	for which, p := range places(b) {
-		got, stop := try(p.s)
+	for _, p := range trial.Places(b) {
+		got, stop := try(p.S)
 		if !instr.Same(got, want) || stop != (abort.Stop{}) {
-			t.Errorf("Read of % x, place %d: %x, %v, want %x", b, which, got, stop, want)
+			t.Errorf("Read of % x, %s: %x, %v, want %x", b, p.What, got, stop, want)
 		}
-		if p.s.At() != p.at+n || p.s.Left() != len(b)-n {
-			t.Errorf("Read of % x, place %d: then At %d and Left %d, want %d and %d", b, which, p.s.At(), p.s.Left(), p.at+n, len(b)-n)
+		if p.S.At() != p.At+n || p.S.Left() != len(b)-n {
+			t.Errorf("Read of % x, %s: then At %d and Left %d, want %d and %d", b, p.What, p.S.At(), p.S.Left(), p.At+n, len(b)-n)
 		}
 	}
 }
@@ -256,10 +242,10 @@ func checkRead(t *testing.T, b []byte, want api.Instr, n int) {
 // checkNoRead checks that bytes begin with no expression, and why, and where.
 func checkNoRead(t *testing.T, b []byte, why api.Errno, at int) {
 	t.Helper()
-	for which, p := range places(b) {
-		got, stop := try(p.s)
-		if !isZero(got) || stop != (abort.Stop{Why: why, At: p.at + at}) {
-			t.Errorf("Read of % x, place %d: %x, %v, want %d at %d", b, which, got, stop, why, p.at+at)
+	for _, p := range trial.Places(b) {
+		got, stop := try(p.S)
+		if !isZero(got) || stop != (abort.Stop{Why: why, At: p.At + at}) {
+			t.Errorf("Read of % x, %s: %x, %v, want %d at %d", b, p.What, got, stop, why, p.At+at)
 		}
 	}
 }
@@ -467,24 +453,11 @@ func TestWrongVarints(t *testing.T) {
 	}
 }
 
-// words are all the strings of so many bytes of an alphabet.
-func words(alphabet []byte, n int, f func(b []byte)) {
-	if n == 0 {
-		f(nil)
-		return
-	}
-	words(alphabet, n-1, func(b []byte) {
-		for _, x := range alphabet {
-			f(append(slices.Clip(b), x))
-		}
-	})
-}
-
 // TestAllShortStrings tries those of the bytes that mean something.
 func TestAllShortStrings(t *testing.T) {
 	alphabet := []byte{0x00, 0x02, 0x05, 0x06, 0x0b, 0x0e, 0x23, 0x41, 0x42, 0x43, 0x6a, 0x7f, 0x80, 0xff}
 	for n := range 5 {
-		words(alphabet, n, func(b []byte) { checkReadModel(t, b) })
+		trial.Words(alphabet, n, func(b []byte) { checkReadModel(t, b) })
 	}
 }
 
@@ -702,11 +675,7 @@ func TestExpressionsAreReadBack(t *testing.T) {
 
 // TestAnything reads and asks what comes by chance: the same numbers each time.
 func TestAnything(t *testing.T) {
-	seed := uint32(1)
-	next := func(n int) int {
-		seed = seed*1664525 + 1013904223
-		return int(seed>>8) % n
-	}
+	next := trial.Chance(1)
 	list := []api.Value{{T: 0x7f, N: 5}, {T: 0x7e, N: 1 << 40}}
 	for range 20000 {
 		b := make([]byte, next(12))
@@ -797,10 +766,7 @@ func TestResultsAreNew(t *testing.T) {
 			if string(b) != x.b {
 				t.Errorf("Put(%x): % x", x.instr(), b)
 			}
-			b = b[:cap(b)]
-			for at := range b {
-				b[at] = 0xee
-			}
+			trial.Spoil(b, 0xee)
 		}
 	}
 }

@@ -12,9 +12,10 @@ import (
 	"creel/api"
 	"creel/imports"
 	"creel/scan"
+	"creel/trial"
 )
 
-// The model is written from the chapters with numbers of its own: it takes bytes by their offsets, and asks no layer.
+// The model is written from the chapters with numbers of its own, and asks no layer.
 
 func modelName(s string) api.Errno {
 	switch {
@@ -24,16 +25,6 @@ func modelName(s string) api.Errno {
 		return 4
 	}
 	return 0
-}
-
-func modelType(t byte) api.Errno {
-	switch t {
-	case 0x7f, 0x7e:
-		return 0
-	case 0x7d, 0x7c:
-		return 8
-	}
-	return 7
 }
 
 // modelRight is P10.1's first sentence.
@@ -56,32 +47,24 @@ func modelRight(x api.Import) api.Errno {
 		x.Limits.Max != 0 && !x.Limits.Bound:
 		return 1
 	case x.Kind == 3:
-		return modelType(x.Global.T)
+		return trial.TypeError(x.Global.T)
 	}
 	return 0
 }
 
-// modelUint is the shortest varint of a number.
-func modelUint(n uint64) string {
-	if n < 128 {
-		return string([]byte{byte(n)})
-	}
-	return string([]byte{byte(n%128 + 128)}) + modelUint(n/128)
-}
-
 func modelLimits(l api.Limits) string {
 	if l.Bound {
-		return "\x01" + modelUint(uint64(l.Min)) + modelUint(uint64(l.Max))
+		return "\x01" + trial.Uint(l.Min) + trial.Uint(l.Max)
 	}
-	return "\x00" + modelUint(uint64(l.Min))
+	return "\x00" + trial.Uint(l.Min)
 }
 
 // modelPut is P10.1's last sentence, of an import that may be.
 func modelPut(x api.Import) string {
-	s := modelUint(uint64(len(x.Module))) + x.Module + modelUint(uint64(len(x.Name))) + x.Name
+	s := trial.Uint(len(x.Module)) + x.Module + trial.Uint(len(x.Name)) + x.Name
 	switch x.Kind {
 	case 0:
-		return s + "\x00" + modelUint(uint64(x.Type))
+		return s + "\x00" + trial.Uint(x.Type)
 	case 1:
 		return s + "\x01\x70" + modelLimits(x.Limits)
 	case 2:
@@ -93,148 +76,25 @@ func modelPut(x api.Import) string {
 	return s + "\x03" + string([]byte{x.Global.T}) + "\x00"
 }
 
-// model reads bytes: at is where it is, stop the first error, behind which it reads no more.
-type model struct {
-	b    []byte
-	at   int
-	stop abort.Stop
-}
-
-func (m *model) fail(why api.Errno, at int) {
-	if m.stop.Why == 0 {
-		m.stop = abort.Stop{Why: why, At: at}
-	}
-}
-
-// byte is the next one; wrong tells the error that it is, if any.
-func (m *model) byte(wrong func(x byte) api.Errno) byte {
-	if m.stop.Why != 0 {
-		return 0
-	}
-	if m.at == len(m.b) {
-		m.fail(2, m.at)
-		return 0
-	}
-	x := m.b[m.at]
-	if e := wrong(x); e != 0 {
-		m.fail(e, m.at)
-	}
-	m.at++
-	return x
-}
-
-// index is a varint of 32 bits that is not above a limit.
-func (m *model) index(most uint64, why api.Errno) uint32 {
-	if m.stop.Why != 0 {
-		return 0
-	}
-	v, from := uint64(0), m.at
-	for i := range 5 {
-		if m.at == len(m.b) {
-			m.fail(2, from)
-			return 0
-		}
-		x := uint64(m.b[m.at])
-		m.at++
-		v += x % 128 << (7 * i)
-		if x >= 128 {
-			continue
-		}
-		if v > 0xffffffff {
-			m.fail(3, from)
-		}
-		if v > most {
-			m.fail(why, from)
-		}
-		return uint32(v)
-	}
-	m.fail(3, from)
-	return 0
-}
-
-func (m *model) name() string {
-	n := int(m.index(200, 13))
-	if m.stop.Why != 0 {
-		return ""
-	}
-	if n > len(m.b)-m.at {
-		m.fail(2, m.at)
-		return ""
-	}
-	s := string(m.b[m.at : m.at+n])
-	if !utf8.ValidString(s) {
-		m.fail(4, m.at)
-	}
-	m.at += n
-	return s
-}
-
-// upTo tells an error for a byte above a limit.
-func upTo(most byte, why api.Errno) func(x byte) api.Errno {
-	return func(x byte) api.Errno {
-		if x > most {
-			return why
-		}
-		return 0
-	}
-}
-
-func (m *model) limits() api.Limits {
-	var l api.Limits
-	l.Bound = m.byte(upTo(1, 10)) == 1
-	l.Min = m.index(math.MaxUint32, 0)
-	if l.Bound {
-		l.Max = m.index(math.MaxUint32, 0)
-	}
-	return l
-}
-
-// next is P10.2's first sentence.
-func (m *model) next() api.Import {
-	var x api.Import
-	x.Module = m.name()
-	x.Name = m.name()
-	x.Kind = m.byte(upTo(3, 43))
+// modelGet is P10.2's first sentence.
+func modelGet(m *trial.Model) api.Import {
+	x := api.Import{Module: m.Name(), Name: m.Name(), Kind: m.Byte(trial.UpTo(3, 43))}
 	switch x.Kind {
 	case 0:
-		x.Type = m.index(math.MaxUint32, 0)
+		x.Type = m.Index()
 	case 1:
-		m.byte(func(x byte) api.Errno {
-			if x != 0x70 {
-				return 7
-			}
-			return 0
-		})
-		x.Limits = m.limits()
+		m.Byte(trial.Only(0x70, 7))
+		x.Limits = m.Limits()
 	case 2:
-		x.Limits = m.limits()
+		x.Limits = m.Limits()
 	case 3:
-		x.Global.T = m.byte(modelType)
-		x.Global.Mut = m.byte(upTo(1, 10)) == 1
-	}
-	if m.stop.Why != 0 {
-		return api.Import{}
+		x.Global = m.Global()
 	}
 	return x
 }
 
 // modelGetAll is P10.2's second sentence.
-func modelGetAll(b []byte) ([]api.Import, abort.Stop) {
-	m := model{b: b}
-	var list []api.Import
-	for range m.index(10000, 29) {
-		if m.stop.Why == 0 {
-			list = append(list, m.next())
-		}
-	}
-	if m.at != len(b) {
-		m.fail(14, m.at)
-	}
-	if m.stop.Why != 0 {
-		return nil, m.stop
-	}
-	return list, abort.Stop{}
-}
+func modelGetAll(m *trial.Model) []api.Import { return trial.List(m, modelGet) }
 
 // modelPutAll is P10.2's last sentence.
 func modelPutAll(list []api.Import) (string, api.Errno) {
@@ -242,7 +102,7 @@ func modelPutAll(list []api.Import) (string, api.Errno) {
 		return "", 29
 	}
 	var s strings.Builder
-	s.WriteString(modelUint(uint64(len(list))))
+	s.WriteString(trial.Uint(len(list)))
 	for _, x := range list {
 		if e := modelRight(x); e != 0 {
 			return "", e
@@ -266,12 +126,9 @@ func modelPlace(list []api.Import, kind byte, module, name string) int {
 
 // Checks.
 
-// short is what of bytes is worth telling.
-func short[B string | []byte](b B) B { return b[:min(len(b), 40)] }
-
 // told is an import with no more of its names than is worth telling.
 func told(x api.Import) api.Import {
-	x.Module, x.Name = short(x.Module), short(x.Name)
+	x.Module, x.Name = trial.Short(x.Module), trial.Short(x.Name)
 	return x
 }
 
@@ -286,7 +143,7 @@ func checkRight(t *testing.T, x api.Import, want api.Errno) {
 		t.Errorf("Put(%+v): %d, want %d", told(x), e, want)
 	}
 	if want != 0 && len(b) != 0 {
-		t.Errorf("Put(%+v): % x beside an error", told(x), short(b))
+		t.Errorf("Put(%+v): % x beside an error", told(x), trial.Short(b))
 	}
 }
 
@@ -294,7 +151,7 @@ func checkPut(t *testing.T, x api.Import, want string) {
 	t.Helper()
 	checkRight(t, x, 0)
 	if b, _ := imports.Put(x); string(b) != want {
-		t.Errorf("Put(%+v): % x, want % x", told(x), short(b), short(want))
+		t.Errorf("Put(%+v): % x, want % x", told(x), trial.Short(b), trial.Short(want))
 	}
 }
 
@@ -308,22 +165,28 @@ func checkPutModel(t *testing.T, x api.Import) {
 	}
 }
 
-// place is a scanner that stands before some bytes, and the offset that it has there.
-type place struct {
-	s  *scan.Scanner
-	at int
-}
+// get and getAll are what reads.
+var (
+	get = trial.Reader[api.Import]{
+		Name:  "Get",
+		Read:  imports.Get,
+		Model: modelGet,
+		Same:  func(a, b api.Import) bool { return a == b },
+		Tell:  func(x api.Import) any { return told(x) },
+	}
+	getAll = trial.Reader[[]api.Import]{
+		Name:  "GetAll",
+		Read:  imports.GetAll,
+		Model: modelGetAll,
+		Same:  slices.Equal[[]api.Import],
+		Tell:  func(list []api.Import) any { return len(list) },
+	}
+)
 
-// places are before some bytes alone, behind others, and in a part of others.
-func places(b []byte) []place {
-	behind := scan.Over(slices.Concat([]byte{0x01, 0x01, 0x00}, b))
-	behind.Bytes(3)
-	outer := scan.Over(slices.Concat([]byte{0x41}, b, []byte{0x00, 0x00, 0x00}))
-	outer.Byte()
-	inner := outer.Sub(len(b))
-	far := scan.Over(slices.Concat(make([]byte, 1000), b))
-	far.Bytes(1000)
-	return []place{{scan.Over(b), 0}, {behind, 3}, {inner, 0}, {far, 1000}}
+// checkGetAll checks that bytes are a list.
+func checkGetAll(t *testing.T, b string, want []api.Import) {
+	t.Helper()
+	getAll.Takes(t, b, want, len(b))
 }
 
 // try reads an import, and returns the error with which that aborts.
@@ -336,85 +199,12 @@ func tryAll(s *scan.Scanner) ([]api.Import, abort.Stop) {
 	return abort.Value(func() []api.Import { return imports.GetAll(s) })
 }
 
-// checkGet checks that bytes begin with an import of so many bytes.
-func checkGet(t *testing.T, b string, want api.Import, n int) {
-	t.Helper()
-	for which, p := range places([]byte(b)) {
-		got, stop := try(p.s)
-		if got != want || stop != (abort.Stop{}) {
-			t.Errorf("Get of % x, place %d: %+v, %v, want %+v", short(b), which, told(got), stop, told(want))
-		}
-		if p.s.At() != p.at+n || p.s.Left() != len(b)-n {
-			t.Errorf("Get of % x, place %d: then At %d and Left %d, want %d and %d", short(b), which, p.s.At(), p.s.Left(), p.at+n, len(b)-n)
-		}
-	}
-}
-
-// checkNoGet checks that bytes begin with no import, and why, and where.
-func checkNoGet(t *testing.T, b string, why api.Errno, at int) {
-	t.Helper()
-	for which, p := range places([]byte(b)) {
-		got, stop := try(p.s)
-		if got != (api.Import{}) || stop != (abort.Stop{Why: why, At: p.at + at}) {
-			t.Errorf("Get of % x, place %d: %+v, %v, want %d at %d", short(b), which, told(got), stop, why, p.at+at)
-		}
-	}
-}
-
-// checkGetModel checks that bytes begin with an import, or not, as the model says.
-func checkGetModel(t *testing.T, b string) {
-	t.Helper()
-	m := model{b: []byte(b)}
-	x := m.next()
-	if m.stop.Why == 0 {
-		checkGet(t, b, x, m.at)
-	} else {
-		checkNoGet(t, b, m.stop.Why, m.stop.At)
-	}
-}
-
-// checkGetAll checks that bytes are a list.
-func checkGetAll(t *testing.T, b string, want []api.Import) {
-	t.Helper()
-	for which, p := range places([]byte(b)) {
-		got, stop := tryAll(p.s)
-		if !slices.Equal(got, want) || stop != (abort.Stop{}) {
-			t.Errorf("GetAll of % x (%d bytes), place %d: %d imports, %v, want %d", short(b), len(b), which, len(got), stop, len(want))
-		}
-		if p.s.At() != p.at+len(b) || !p.s.Done() {
-			t.Errorf("GetAll of % x (%d bytes), place %d: then At %d", short(b), len(b), which, p.s.At())
-		}
-	}
-}
-
-// checkNoGetAll checks that bytes are no list, and why, and where.
-func checkNoGetAll(t *testing.T, b string, why api.Errno, at int) {
-	t.Helper()
-	for which, p := range places([]byte(b)) {
-		got, stop := tryAll(p.s)
-		if len(got) != 0 || stop != (abort.Stop{Why: why, At: p.at + at}) {
-			t.Errorf("GetAll of % x (%d bytes), place %d: %d imports, %v, want %d at %d", short(b), len(b), which, len(got), stop, why, p.at+at)
-		}
-	}
-}
-
-// checkGetAllModel checks that bytes are a list, or not, as the model says.
-func checkGetAllModel(t *testing.T, b string) {
-	t.Helper()
-	want, stop := modelGetAll([]byte(b))
-	if stop.Why == 0 {
-		checkGetAll(t, b, want)
-	} else {
-		checkNoGetAll(t, b, stop.Why, stop.At)
-	}
-}
-
 // checkPutAll checks the bytes of a list, or its error and that there are none.
 func checkPutAll(t *testing.T, list []api.Import, want string, e api.Errno) {
 	t.Helper()
 	b, got := imports.PutAll(list)
 	if got != e || string(b) != want {
-		t.Errorf("PutAll of %d imports: % x (%d bytes), %d, want % x (%d bytes), %d", len(list), short(b), len(b), got, short(want), len(want), e)
+		t.Errorf("PutAll of %d imports: % x (%d bytes), %d, want % x (%d bytes), %d", len(list), trial.Short(b), len(b), got, trial.Short(want), len(want), e)
 	}
 }
 
@@ -444,19 +234,6 @@ func checkPlace(t *testing.T, list []api.Import, kind byte, module, name string,
 	}
 }
 
-// words are all the strings of so many bytes of an alphabet.
-func words(alphabet string, n int, f func(s string)) {
-	if n == 0 {
-		f("")
-		return
-	}
-	words(alphabet, n-1, func(s string) {
-		for at := range len(alphabet) {
-			f(s + alphabet[at:at+1])
-		}
-	})
-}
-
 const most = math.MaxUint32
 
 // plain is an import of each kind with as little in it as may be.
@@ -477,7 +254,7 @@ type sample struct {
 func samples() []sample {
 	long := strings.Repeat("n", 200)
 	limits := func(min, max uint32) api.Limits { return api.Limits{Min: min, Max: max, Bound: true} }
-	list := []sample{
+	return []sample{
 		{api.Import{Module: "env", Name: "f", Type: 5}, "\x03env\x01f\x00\x05"},
 		{api.Import{}, "\x00\x00\x00\x00"},
 		{api.Import{Module: "a"}, "\x01a\x00\x00\x00"},
@@ -507,7 +284,6 @@ func samples() []sample {
 		{api.Import{Kind: 3, Global: api.GlobalType{T: 0x7f, Mut: true}}, "\x00\x00\x03\x7f\x01"},
 		{api.Import{Kind: 3, Global: api.GlobalType{T: 0x7e}}, "\x00\x00\x03\x7e\x00"},
 	}
-	return list
 }
 
 // wrong are imports that may not be, one for each way to be so.
@@ -718,7 +494,7 @@ func TestPutOfWrongOnes(t *testing.T) {
 func TestExample(t *testing.T) {
 	x := api.Import{Module: "env", Name: "f", Kind: api.KindFunc, Type: 5}
 	checkPut(t, x, "\x03env\x01\x66\x00\x05")
-	checkGet(t, "\x03env\x01\x66\x00\x05", x, 8)
+	get.Takes(t, "\x03env\x01\x66\x00\x05", x, 8)
 }
 
 // TestAllFields has all values at the edges of all fields with each other.
@@ -753,7 +529,7 @@ func TestAllFields(t *testing.T) {
 
 func TestGet(t *testing.T) {
 	for _, x := range samples() {
-		checkGet(t, x.b, x.x, len(x.b))
+		get.Takes(t, x.b, x.x, len(x.b))
 	}
 }
 
@@ -761,9 +537,9 @@ func TestGet(t *testing.T) {
 func TestGetStopsBehindTheImport(t *testing.T) {
 	for _, x := range samples() {
 		for more := range 256 {
-			checkGet(t, x.b+string([]byte{byte(more)}), x.x, len(x.b))
+			get.Takes(t, x.b+string([]byte{byte(more)}), x.x, len(x.b))
 		}
-		checkGet(t, x.b+x.b, x.x, len(x.b))
+		get.Takes(t, x.b+x.b, x.x, len(x.b))
 	}
 }
 
@@ -808,14 +584,13 @@ func TestCutOff(t *testing.T) {
 					at = from
 				}
 			}
-			checkNoGet(t, x.b[:n], 2, at)
+			get.Refuses(t, x.b[:n], 2, at)
 		}
-		m := model{b: []byte(x.b)}
-		checkGet(t, x.b, m.next(), len(x.b))
+		get.Takes(t, x.b, modelGet(trial.NewModel(x.b)), len(x.b))
 	}
 	for _, x := range samples() {
 		for n := range len(x.b) {
-			checkGetModel(t, x.b[:n])
+			get.Agrees(t, x.b[:n])
 		}
 	}
 }
@@ -824,18 +599,18 @@ func TestCutOff(t *testing.T) {
 func TestEveryByteAsTheKind(t *testing.T) {
 	for kind := 4; kind < 256; kind++ {
 		for _, more := range []string{"", "\x00", "\x05", "\x70\x00\x03", "\x00\x03", "\x01\x03\x04", "\x7f\x00", "\xff\xff\xff\xff\xff"} {
-			checkNoGet(t, "\x00\x00"+string([]byte{byte(kind)})+more, 43, 2)
-			checkNoGet(t, "\x03env\x01f"+string([]byte{byte(kind)})+more, 43, 6)
+			get.Refuses(t, "\x00\x00"+string([]byte{byte(kind)})+more, 43, 2)
+			get.Refuses(t, "\x03env\x01f"+string([]byte{byte(kind)})+more, 43, 6)
 		}
 	}
 	env := func(x api.Import) api.Import {
 		x.Module, x.Name = "env", "f"
 		return x
 	}
-	checkGet(t, "\x03env\x01f\x00\x70\x00\x03", env(api.Import{Type: 0x70}), 8)
-	checkGet(t, "\x03env\x01f\x01\x70\x00\x03", env(api.Import{Kind: 1, Limits: api.Limits{Min: 3}}), 10)
-	checkGet(t, "\x03env\x01f\x02\x00\x03\x04", env(api.Import{Kind: 2, Limits: api.Limits{Min: 3}}), 9)
-	checkGet(t, "\x03env\x01f\x03\x7f\x00\x03", env(api.Import{Kind: 3, Global: api.GlobalType{T: 0x7f}}), 9)
+	get.Takes(t, "\x03env\x01f\x00\x70\x00\x03", env(api.Import{Type: 0x70}), 8)
+	get.Takes(t, "\x03env\x01f\x01\x70\x00\x03", env(api.Import{Kind: 1, Limits: api.Limits{Min: 3}}), 10)
+	get.Takes(t, "\x03env\x01f\x02\x00\x03\x04", env(api.Import{Kind: 2, Limits: api.Limits{Min: 3}}), 9)
+	get.Takes(t, "\x03env\x01f\x03\x7f\x00\x03", env(api.Import{Kind: 3, Global: api.GlobalType{T: 0x7f}}), 9)
 }
 
 func TestEveryByteAsTheBeginningOfATable(t *testing.T) {
@@ -843,23 +618,23 @@ func TestEveryByteAsTheBeginningOfATable(t *testing.T) {
 		for _, more := range []string{"", "\x00", "\x00\x03", "\x01\x03\x04", "\x02"} {
 			s := "\x01t\x00\x01" + string([]byte{byte(b)}) + more
 			if b != 0x70 {
-				checkNoGet(t, s, 7, 4)
+				get.Refuses(t, s, 7, 4)
 			}
-			checkGetModel(t, s)
+			get.Agrees(t, s)
 		}
 	}
-	checkGet(t, "\x01t\x00\x01\x70\x01\x03\x04", api.Import{Module: "t", Kind: 1, Limits: api.Limits{Min: 3, Max: 4, Bound: true}}, 8)
+	get.Takes(t, "\x01t\x00\x01\x70\x01\x03\x04", api.Import{Module: "t", Kind: 1, Limits: api.Limits{Min: 3, Max: 4, Bound: true}}, 8)
 }
 
 func TestEveryByteAsTheFlagOfLimits(t *testing.T) {
 	for b := 2; b < 256; b++ {
 		for _, more := range []string{"", "\x03", "\x03\x04", "\xff\xff\xff\xff\xff"} {
-			checkNoGet(t, "\x01m\x00\x02"+string([]byte{byte(b)})+more, 10, 4)
-			checkNoGet(t, "\x01t\x00\x01\x70"+string([]byte{byte(b)})+more, 10, 5)
+			get.Refuses(t, "\x01m\x00\x02"+string([]byte{byte(b)})+more, 10, 4)
+			get.Refuses(t, "\x01t\x00\x01\x70"+string([]byte{byte(b)})+more, 10, 5)
 		}
 	}
-	checkGet(t, "\x01m\x00\x02\x00\x03\x04", api.Import{Module: "m", Kind: 2, Limits: api.Limits{Min: 3}}, 6)
-	checkGet(t, "\x01m\x00\x02\x01\x03\x04", api.Import{Module: "m", Kind: 2, Limits: api.Limits{Min: 3, Max: 4, Bound: true}}, 7)
+	get.Takes(t, "\x01m\x00\x02\x00\x03\x04", api.Import{Module: "m", Kind: 2, Limits: api.Limits{Min: 3}}, 6)
+	get.Takes(t, "\x01m\x00\x02\x01\x03\x04", api.Import{Module: "m", Kind: 2, Limits: api.Limits{Min: 3, Max: 4, Bound: true}}, 7)
 }
 
 // TestEveryByteAsAGlobal has it as the type, and as what tells whether it may change: the type counts first.
@@ -867,17 +642,17 @@ func TestEveryByteAsAGlobal(t *testing.T) {
 	for b := range 256 {
 		x := string([]byte{byte(b)})
 		for _, more := range []string{"", "\x00", "\x01", "\x02", "\xff"} {
-			if e := modelType(byte(b)); e != 0 {
-				checkNoGet(t, "\x01g\x00\x03"+x+more, e, 4)
+			if e := trial.TypeError(byte(b)); e != 0 {
+				get.Refuses(t, "\x01g\x00\x03"+x+more, e, 4)
 			}
-			checkGetModel(t, "\x01g\x00\x03"+x+more)
+			get.Agrees(t, "\x01g\x00\x03"+x+more)
 		}
 		for _, typ := range []string{"\x7f", "\x7e"} {
 			if b > 1 {
-				checkNoGet(t, "\x01g\x00\x03"+typ+x, 10, 5)
+				get.Refuses(t, "\x01g\x00\x03"+typ+x, 10, 5)
 				continue
 			}
-			checkGet(t, "\x01g\x00\x03"+typ+x, api.Import{Module: "g", Kind: 3, Global: api.GlobalType{T: typ[0], Mut: b == 1}}, 6)
+			get.Takes(t, "\x01g\x00\x03"+typ+x, api.Import{Module: "g", Kind: 3, Global: api.GlobalType{T: typ[0], Mut: b == 1}}, 6)
 		}
 	}
 }
@@ -888,34 +663,34 @@ func TestNamesTooLong(t *testing.T) {
 	for _, lead := range []string{"", "\x00", "\x03env", "\xc8\x01" + full[:200]} {
 		// Behind a lead it is the Name, otherwise the Module.
 		at := len(lead)
-		checkNoGet(t, lead+"\xc9\x01"+full+"\x00\x00\x00", 13, at)
-		checkNoGet(t, lead+"\xc9\x01"+full[:200]+"\xff\x00\x00\x00", 13, at)
-		checkNoGet(t, lead+"\xc9\x01", 13, at)
-		checkNoGet(t, lead+"\xc9\x81\x80\x80\x00", 13, at)
-		checkNoGet(t, lead+"\xff\x7f", 13, at)
-		checkNoGet(t, lead+"\xff\xff\xff\xff\x07", 13, at)
-		checkNoGet(t, lead+"\x80\x80\x80\x80\x08", 13, at)
-		checkNoGet(t, lead+"\xff\xff\xff\xff\x0f", 13, at)
-		checkNoGet(t, lead+"\x80\x80\x80\x80\x10", 3, at)
-		checkNoGet(t, lead+"\x80\x80\x80\x80\x80\x00", 3, at)
-		checkNoGet(t, lead+"\xc8\x01"+full[:199], 2, at+2)
+		get.Refuses(t, lead+"\xc9\x01"+full+"\x00\x00\x00", 13, at)
+		get.Refuses(t, lead+"\xc9\x01"+full[:200]+"\xff\x00\x00\x00", 13, at)
+		get.Refuses(t, lead+"\xc9\x01", 13, at)
+		get.Refuses(t, lead+"\xc9\x81\x80\x80\x00", 13, at)
+		get.Refuses(t, lead+"\xff\x7f", 13, at)
+		get.Refuses(t, lead+"\xff\xff\xff\xff\x07", 13, at)
+		get.Refuses(t, lead+"\x80\x80\x80\x80\x08", 13, at)
+		get.Refuses(t, lead+"\xff\xff\xff\xff\x0f", 13, at)
+		get.Refuses(t, lead+"\x80\x80\x80\x80\x10", 3, at)
+		get.Refuses(t, lead+"\x80\x80\x80\x80\x80\x00", 3, at)
+		get.Refuses(t, lead+"\xc8\x01"+full[:199], 2, at+2)
 	}
 }
 
 func TestNamesNotUTF8(t *testing.T) {
 	for _, name := range []string{"\x80", "\xff", "\xc0\x80", "\xe2\x82", "\xed\xa0\x80", "\xf4\x90\x80\x80", "a\xff", "abc\xe2\x82", "\u20ac\xff"} {
 		for _, more := range []string{"", "\x00", "\x00\x00\x00", "\x04", "\x01\xff\x00\x00", "\xac\x80\x80"} {
-			s := modelUint(uint64(len(name))) + name + more
-			checkNoGet(t, s, 4, 1)
-			checkNoGet(t, "\x00"+s, 4, 2)
-			checkNoGet(t, "\x03env"+s, 4, 5)
+			s := trial.Uint(len(name)) + name + more
+			get.Refuses(t, s, 4, 1)
+			get.Refuses(t, "\x00"+s, 4, 2)
+			get.Refuses(t, "\x03env"+s, 4, 5)
 		}
 	}
-	checkNoGet(t, "\x81\x00\xff\x00\x00\x00", 4, 2)
-	checkNoGet(t, "\x00\x81\x80\x00\xff\x00\x00", 4, 4)
-	checkNoGet(t, "\xc8\x01"+strings.Repeat("n", 199)+"\xff\x00\x00\x00", 4, 2)
+	get.Refuses(t, "\x81\x00\xff\x00\x00\x00", 4, 2)
+	get.Refuses(t, "\x00\x81\x80\x00\xff\x00\x00", 4, 4)
+	get.Refuses(t, "\xc8\x01"+strings.Repeat("n", 199)+"\xff\x00\x00\x00", 4, 2)
 	// The bytes of a sign that is cut off are not those of the next name.
-	checkNoGet(t, "\x02\xe2\x82\x01\xac\x00\x00", 4, 1)
+	get.Refuses(t, "\x02\xe2\x82\x01\xac\x00\x00", 4, 1)
 }
 
 // TestWrongNumbers has them in every place of a number.
@@ -927,16 +702,16 @@ func TestWrongNumbers(t *testing.T) {
 		"\xff\xff\xff\xff\xff",
 	} {
 		for _, lead := range []string{"", "\x00", "\x01a", "\x00\x00\x00", "\x01a\x01b\x00", "\x00\x00\x01\x70\x00", "\x00\x00\x01\x70\x01", "\x00\x00\x01\x70\x01\x03", "\x00\x00\x02\x00", "\x00\x00\x02\x01", "\x00\x00\x02\x01\x83\x00"} {
-			checkNoGet(t, lead+s, 3, len(lead))
-			checkNoGet(t, lead+s+"\x00\x00\x00", 3, len(lead))
+			get.Refuses(t, lead+s, 3, len(lead))
+			get.Refuses(t, lead+s+"\x00\x00\x00", 3, len(lead))
 		}
 	}
 }
 
 // TestLongerNumbers has numbers with more bytes than they need.
 func TestLongerNumbers(t *testing.T) {
-	checkGet(t, "\x83\x80\x80\x80\x00env\x81\x00f\x00\x85\x80\x80\x80\x00", api.Import{Module: "env", Name: "f", Type: 5}, 17)
-	checkGet(t, "\x80\x00\x80\x80\x00\x01\x70\x01\x83\x00\x84\x80\x80\x00", api.Import{Kind: 1, Limits: api.Limits{Min: 3, Max: 4, Bound: true}}, 14)
+	get.Takes(t, "\x83\x80\x80\x80\x00env\x81\x00f\x00\x85\x80\x80\x80\x00", api.Import{Module: "env", Name: "f", Type: 5}, 17)
+	get.Takes(t, "\x80\x00\x80\x80\x00\x01\x70\x01\x83\x00\x84\x80\x80\x00", api.Import{Kind: 1, Limits: api.Limits{Min: 3, Max: 4, Bound: true}}, 14)
 }
 
 // TestEveryByteChanged changes the bytes of imports, one at a time, to every value.
@@ -955,9 +730,9 @@ func TestEveryByteChanged(t *testing.T) {
 			for x := range 256 {
 				b := []byte(good)
 				b[at] = byte(x)
-				checkGetModel(t, string(b))
-				checkGetAllModel(t, "\x01"+string(b))
-				checkGetAllModel(t, "\x02"+string(b)+good)
+				get.Agrees(t, string(b))
+				getAll.Agrees(t, "\x01"+string(b))
+				getAll.Agrees(t, "\x02"+string(b)+good)
 			}
 		}
 	}
@@ -967,11 +742,12 @@ func TestEveryByteChanged(t *testing.T) {
 func TestAllShortImports(t *testing.T) {
 	alphabet := "\x00\x01\x02\x03\x04\x70\x7d\x7f\x80\xff"
 	for n := range 5 {
-		words(alphabet, n, func(s string) {
-			checkGetModel(t, s)
-			checkGetModel(t, "\x00\x01a"+s)
-			checkGetAllModel(t, s)
-			checkGetAllModel(t, "\x01\x00\x01a"+s)
+		trial.Words([]byte(alphabet), n, func(w []byte) {
+			s := string(w)
+			get.Agrees(t, s)
+			get.Agrees(t, "\x00\x01a"+s)
+			getAll.Agrees(t, s)
+			getAll.Agrees(t, "\x01\x00\x01a"+s)
 		})
 	}
 }
@@ -979,10 +755,10 @@ func TestAllShortImports(t *testing.T) {
 func TestGetAllOfNone(t *testing.T) {
 	checkGetAll(t, "\x00", nil)
 	checkGetAll(t, "\x80\x80\x80\x80\x00", nil)
-	checkNoGetAll(t, "\x00\x00", 14, 1)
-	checkNoGetAll(t, "\x80\x00\x00\x00\x00\x00", 14, 2)
-	checkNoGetAll(t, "", 2, 0)
-	checkNoGetAll(t, "\x80", 2, 0)
+	getAll.Refuses(t, "\x00\x00", 14, 1)
+	getAll.Refuses(t, "\x80\x00\x00\x00\x00\x00", 14, 2)
+	getAll.Refuses(t, "", 2, 0)
+	getAll.Refuses(t, "\x80", 2, 0)
 }
 
 func TestGetAllOfOne(t *testing.T) {
@@ -1002,31 +778,31 @@ func TestGetAllOfSeveral(t *testing.T) {
 	}
 	all = strings.Repeat(all, 6)
 	list = slices.Repeat(list, 6)
-	checkGetAll(t, modelUint(uint64(len(list)))+all, list)
+	checkGetAll(t, trial.Uint(len(list))+all, list)
 }
 
 // TestGetAllOfAnotherNumber has one that is larger or smaller than that of the imports that follow.
 func TestGetAllOfAnotherNumber(t *testing.T) {
 	three := "\x01a\x01b\x00\x05" + "\x01m\x00\x02\x00\x03" + "\x00\x01g\x03\x7f\x01"
 	for n, at := range []int{1, 7, 13} {
-		checkNoGetAll(t, string([]byte{byte(n)})+three, 14, at)
+		getAll.Refuses(t, string([]byte{byte(n)})+three, 14, at)
 	}
-	checkGetAllModel(t, "\x03"+three)
+	getAll.Agrees(t, "\x03"+three)
 	for _, n := range []string{"\x04", "\x05", "\x7f"} {
-		checkNoGetAll(t, n+three, 2, 19)
+		getAll.Refuses(t, n+three, 2, 19)
 	}
-	checkNoGetAll(t, "\x90\x4e"+three, 2, 20) // 10000
-	checkNoGetAll(t, "\x91\x4e"+three, 29, 0)
+	getAll.Refuses(t, "\x90\x4e"+three, 2, 20) // 10000
+	getAll.Refuses(t, "\x91\x4e"+three, 29, 0)
 }
 
 // TestGetAllWithBytesBehind has a byte of every value, and several, behind the last import.
 func TestGetAllWithBytesBehind(t *testing.T) {
 	for _, x := range samples() {
 		for more := range 256 {
-			checkNoGetAll(t, "\x01"+x.b+string([]byte{byte(more)}), 14, 1+len(x.b))
+			getAll.Refuses(t, "\x01"+x.b+string([]byte{byte(more)}), 14, 1+len(x.b))
 		}
-		checkNoGetAll(t, "\x01"+x.b+x.b, 14, 1+len(x.b))
-		checkNoGetAll(t, "\x02"+x.b+x.b+"\x00\x00\x00", 14, 1+2*len(x.b))
+		getAll.Refuses(t, "\x01"+x.b+x.b, 14, 1+len(x.b))
+		getAll.Refuses(t, "\x02"+x.b+x.b+"\x00\x00\x00", 14, 1+2*len(x.b))
 	}
 }
 
@@ -1034,40 +810,41 @@ func TestGetAllWithBytesBehind(t *testing.T) {
 func TestGetAllCutOff(t *testing.T) {
 	s := "\x85\x00" + "\x03env\x01f\x00\x05" + "\x01t\x00\x01\x70\x01\x83\x00\x04" + "\x00\x00\x02\x00\x03" + "\x01g\x02ab\x03\x7e\x01" + "\x00\x00\x00\xff\x01"
 	for n := range len(s) {
-		checkGetAllModel(t, s[:n])
-		if _, stop := modelGetAll([]byte(s[:n])); stop.Why != 2 {
-			t.Errorf("%d bytes: %v", n, stop)
+		getAll.Agrees(t, s[:n])
+		m := trial.NewModel(s[:n])
+		if modelGetAll(m); m.Stop.Why != 2 {
+			t.Errorf("%d bytes: %v", n, m.Stop)
 		}
 	}
-	checkGetAllModel(t, s)
+	getAll.Agrees(t, s)
 }
 
 // TestGetAllOfAWrongOne has an error in each of three imports, and two of them in one list.
 func TestGetAllOfAWrongOne(t *testing.T) {
 	good, bad := "\x01a\x01b\x00\x05", "\x01a\x01b\x04\x05"
-	checkNoGetAll(t, "\x03"+bad+good+good, 43, 5)
-	checkNoGetAll(t, "\x03"+good+bad+good, 43, 11)
-	checkNoGetAll(t, "\x03"+good+good+bad, 43, 17)
-	checkNoGetAll(t, "\x03"+good+good+bad+"\x00", 43, 17)
-	checkNoGetAll(t, "\x02"+good+good+bad, 14, 13)
-	checkNoGetAll(t, "\x03"+good+"\x01\xff"+bad, 4, 8)
-	checkNoGetAll(t, "\x03"+bad+"\x01\xff", 43, 5)
-	checkNoGetAll(t, "\x02"+good+"\x00\x00\x03\x7d\x02", 8, 10)
-	checkNoGetAll(t, "\x02"+good+"\x00\x00\x03\x7f\x02", 10, 11)
-	checkNoGetAll(t, "\x02"+good+"\x00\x00\x01\x71\x02", 7, 10)
-	checkNoGetAll(t, "\x02"+good+"\xc9\x01", 13, 7)
+	getAll.Refuses(t, "\x03"+bad+good+good, 43, 5)
+	getAll.Refuses(t, "\x03"+good+bad+good, 43, 11)
+	getAll.Refuses(t, "\x03"+good+good+bad, 43, 17)
+	getAll.Refuses(t, "\x03"+good+good+bad+"\x00", 43, 17)
+	getAll.Refuses(t, "\x02"+good+good+bad, 14, 13)
+	getAll.Refuses(t, "\x03"+good+"\x01\xff"+bad, 4, 8)
+	getAll.Refuses(t, "\x03"+bad+"\x01\xff", 43, 5)
+	getAll.Refuses(t, "\x02"+good+"\x00\x00\x03\x7d\x02", 8, 10)
+	getAll.Refuses(t, "\x02"+good+"\x00\x00\x03\x7f\x02", 10, 11)
+	getAll.Refuses(t, "\x02"+good+"\x00\x00\x01\x71\x02", 7, 10)
+	getAll.Refuses(t, "\x02"+good+"\xc9\x01", 13, 7)
 	// The number counts ahead of all of them.
-	checkNoGetAll(t, "\x91\x4e"+bad, 29, 0)
-	checkNoGetAll(t, "\xff\xff\xff\xff\x0f"+bad, 29, 0)
-	checkNoGetAll(t, "\xff\xff\xff\xff\x1f"+bad, 3, 0)
-	checkNoGetAll(t, "\x80\x80\x80\x80\x80\x00"+bad, 3, 0)
+	getAll.Refuses(t, "\x91\x4e"+bad, 29, 0)
+	getAll.Refuses(t, "\xff\xff\xff\xff\x0f"+bad, 29, 0)
+	getAll.Refuses(t, "\xff\xff\xff\xff\x1f"+bad, 3, 0)
+	getAll.Refuses(t, "\x80\x80\x80\x80\x80\x00"+bad, 3, 0)
 }
 
 // many are imports that differ from each other.
 func many(n int) []api.Import {
 	list := make([]api.Import, n)
 	for at := range list {
-		list[at] = api.Import{Module: "m", Name: modelUint(uint64(at % 128)), Type: uint32(at)}
+		list[at] = api.Import{Module: "m", Name: trial.Uint(at % 128), Type: uint32(at)}
 	}
 	return list
 }
@@ -1084,10 +861,10 @@ func TestMostImports(t *testing.T) {
 	checkPutAll(t, list[:10000], "\x90\x4e"+all, 0)
 	checkPutAll(t, list, "", 29)
 	checkGetAll(t, "\x90\x4e"+all, list[:10000])
-	checkNoGetAll(t, "\x90\x4e"+all+last, 14, 2+len(all))
-	checkNoGetAll(t, "\x91\x4e"+all+last, 29, 0)
-	checkNoGetAll(t, "\x91\x4e"+all, 29, 0)
-	checkNoGetAll(t, "\x90\x4e"+all[:len(all)-1], 2, 2+len(all)-2)
+	getAll.Refuses(t, "\x90\x4e"+all+last, 14, 2+len(all))
+	getAll.Refuses(t, "\x91\x4e"+all+last, 29, 0)
+	getAll.Refuses(t, "\x91\x4e"+all, 29, 0)
+	getAll.Refuses(t, "\x90\x4e"+all[:len(all)-1], 2, 2+len(all)-2)
 	// Their number counts ahead of what is wrong with them.
 	list[0].Kind = 4
 	checkPutAll(t, list[:10000], "", 43)
@@ -1252,7 +1029,7 @@ func TestPlace(t *testing.T) {
 // TestFindEverything asks for all kinds and names in all lists of three.
 func TestFindEverything(t *testing.T) {
 	names := []string{"", "a", "b"}
-	words("\x00\x01\x02\x03\x04\x05\x06\x07\x08", 3, func(w string) {
+	trial.Words([]byte{0, 1, 2, 3, 4, 5, 6, 7, 8}, 3, func(w []byte) {
 		var list []api.Import
 		for at := range 3 {
 			list = append(list, api.Import{Kind: w[at] % 2, Module: names[w[at]%3], Name: names[w[at]/4], Type: uint32(at)})
@@ -1289,20 +1066,12 @@ func anyImport(next func(n int) int) api.Import {
 	return x
 }
 
-// chance returns numbers below others, the same ones each time.
-func chance(seed uint32) func(n int) int {
-	return func(n int) int {
-		seed = seed*1664525 + 1013904223
-		return int(seed>>8) % n
-	}
-}
-
 // TestGetInvertsPut has imports and lists by chance, and the samples.
 func TestGetInvertsPut(t *testing.T) {
 	for _, x := range samples() {
 		checkComesBack(t, []api.Import{x.x})
 	}
-	next := chance(3)
+	next := trial.Chance(3)
 	for range 3000 {
 		list := make([]api.Import, next(8))
 		for at := range list {
@@ -1339,9 +1108,9 @@ func checkComesBack(t *testing.T, list []api.Import) {
 
 // TestWhatIsReadMayBePut: what Get returns is right, also Limits whose Max is below their Min.
 func TestWhatIsReadMayBePut(t *testing.T) {
-	words("\x00\x01\x02\x03\x70\x7e\x7f\x80", 4, func(w string) {
+	trial.Words([]byte{0, 1, 2, 3, 0x70, 0x7e, 0x7f, 0x80}, 4, func(w []byte) {
 		for _, lead := range []string{"\x00\x00", "\x01a\x01b"} {
-			got, stop := try(scan.Over([]byte(lead + w)))
+			got, stop := try(scan.Over([]byte(lead + string(w))))
 			if stop.Why == 0 {
 				checkPutModel(t, got)
 				checkRight(t, got, 0)
@@ -1354,7 +1123,7 @@ func TestWhatIsReadMayBePut(t *testing.T) {
 
 // TestAnything reads, writes and finds what comes by chance.
 func TestAnything(t *testing.T) {
-	next := chance(7)
+	next := trial.Chance(7)
 	for range 6000 {
 		b := make([]byte, next(20))
 		for at := range b {
@@ -1363,8 +1132,8 @@ func TestAnything(t *testing.T) {
 				b[at] = byte(next(4))
 			}
 		}
-		checkGetModel(t, string(b))
-		checkGetAllModel(t, string(b))
+		get.Agrees(t, string(b))
+		getAll.Agrees(t, string(b))
 
 		list := make([]api.Import, next(5))
 		for at := range list {
@@ -1399,8 +1168,8 @@ func TestAnything(t *testing.T) {
 func TestManyBytes(t *testing.T) {
 	for x := range 256 {
 		b := strings.Repeat(string([]byte{byte(x)}), 1000)
-		checkGetModel(t, b)
-		checkGetAllModel(t, b)
+		get.Agrees(t, b)
+		getAll.Agrees(t, b)
 	}
 	long := strings.Repeat("n", 1<<20)
 	checkRight(t, api.Import{Module: long, Name: long}, 13)
@@ -1438,14 +1207,6 @@ func TestArgumentsStay(t *testing.T) {
 	}
 }
 
-// spoil overwrites a list, with all that it has room for.
-func spoil[T any](list []T, with T) {
-	list = list[:cap(list)]
-	for at := range list {
-		list[at] = with
-	}
-}
-
 var other = api.Import{Module: "other", Name: "other", Kind: 9, Type: 9, Limits: api.Limits{Min: 9, Max: 9, Bound: true}, Global: api.GlobalType{T: 9, Mut: true}}
 
 // TestArgumentsAreNotKept spoils what was handed in: the results stay.
@@ -1454,23 +1215,23 @@ func TestArgumentsAreNotKept(t *testing.T) {
 		b := []byte("\x01" + x.b)
 		one, _ := try(scan.Over(b[1:]))
 		all, _ := tryAll(scan.Over(b))
-		spoil(b, 0xee)
+		trial.Spoil(b, 0xee)
 		if one != x.x || !slices.Equal(all, []api.Import{x.x}) {
 			t.Errorf("Get: %+v, GetAll: %+v, want %+v", told(one), all, told(x.x))
 		}
 		list := []api.Import{x.x}
 		put, _ := imports.PutAll(list)
 		of := imports.Of(list, x.x.Kind)
-		spoil(list, other)
+		trial.Spoil(list, other)
 		if string(put) != "\x01"+x.b || !slices.Equal(of, []api.Import{x.x}) {
-			t.Errorf("PutAll: % x, Of: %+v, want %+v", short(put), of, told(x.x))
+			t.Errorf("PutAll: % x, Of: %+v, want %+v", trial.Short(put), of, told(x.x))
 		}
 	}
 	// A scanner goes on with the bytes that it was made of.
 	b := []byte("\x03env\x01f\x00\x05\x00\x00\x00\x06")
 	s := scan.Over(b)
 	try(s)
-	spoil(b, 0xee)
+	trial.Spoil(b, 0xee)
 	if got, stop := try(s); got != (api.Import{Type: 6}) || stop != (abort.Stop{}) {
 		t.Errorf("Get: %+v, %v", got, stop)
 	}
@@ -1482,14 +1243,14 @@ func TestResultsAreNew(t *testing.T) {
 		for range 2 {
 			b, _ := imports.Put(x.x)
 			if string(b) != x.b {
-				t.Errorf("Put: % x, want % x", short(b), short(x.b))
+				t.Errorf("Put: % x, want % x", trial.Short(b), trial.Short(x.b))
 			}
-			spoil(b, 0xee)
+			trial.Spoil(b, 0xee)
 			b, _ = imports.PutAll([]api.Import{x.x})
 			if string(b) != "\x01"+x.b {
-				t.Errorf("PutAll: % x, want % x", short(b), short(x.b))
+				t.Errorf("PutAll: % x, want % x", trial.Short(b), trial.Short(x.b))
 			}
-			spoil(b, 0xee)
+			trial.Spoil(b, 0xee)
 		}
 	}
 	list := mixed()
@@ -1500,19 +1261,19 @@ func TestResultsAreNew(t *testing.T) {
 			if !slices.Equal(of, modelOf(mixed(), kind)) {
 				t.Errorf("Of %d: %+v", kind, of)
 			}
-			spoil(of, other)
-			spoil(imports.Of(room[:len(list)], kind), other)
+			trial.Spoil(of, other)
+			trial.Spoil(imports.Of(room[:len(list)], kind), other)
 		}
 	}
 	all := make([]api.Import, 3)
-	spoil(imports.Of(all, 0), other)
+	trial.Spoil(imports.Of(all, 0), other)
 	if !slices.Equal(list, mixed()) || !slices.Equal(room, append(mixed(), mixed()...)) || !slices.Equal(all, make([]api.Import, 3)) {
 		t.Errorf("the lists are %+v, %+v and %+v", list, room, all)
 	}
 	b := []byte("\x02\x00\x00\x00\x05\x00\x00\x00\x06")
 	first, _ := tryAll(scan.Over(b))
 	second, _ := tryAll(scan.Over(b))
-	spoil(first, other)
+	trial.Spoil(first, other)
 	if !slices.Equal(second, []api.Import{{Type: 5}, {Type: 6}}) {
 		t.Errorf("GetAll: %+v", second)
 	}
@@ -1532,7 +1293,7 @@ func TestCallsDoNotMatter(t *testing.T) {
 			imports.Place([]api.Import{bad.x}, bad.x.Kind, bad.x.Module, bad.x.Name)
 		}
 		checkPut(t, x.x, x.b)
-		checkGet(t, x.b, x.x, len(x.b))
+		get.Takes(t, x.b, x.x, len(x.b))
 		checkGetAll(t, "\x01"+x.b, []api.Import{x.x})
 		checkPutAll(t, []api.Import{x.x}, "\x01"+x.b, 0)
 		checkOf(t, []api.Import{x.x}, x.x.Kind, []api.Import{x.x})

@@ -10,6 +10,7 @@ import (
 	"creel/api"
 	"creel/instr"
 	"creel/scan"
+	"creel/trial"
 )
 
 // The models are written from the chapter with numbers of their own, and share nothing with the package.
@@ -383,19 +384,6 @@ func encoded(list []api.Instr) []byte {
 	return b
 }
 
-// words are all the lists of so many of some things.
-func words[T any](alphabet []T, n int, f func(list []T)) {
-	if n == 0 {
-		f(nil)
-		return
-	}
-	words(alphabet, n-1, func(list []T) {
-		for _, x := range alphabet {
-			f(append(slices.Clip(list), x))
-		}
-	})
-}
-
 // brief keeps messages about long things readable.
 func brief[T any](list []T) []T { return list[:min(len(list), 12)] }
 
@@ -425,22 +413,6 @@ func checkPut(t *testing.T, i api.Instr, want []byte) {
 	}
 }
 
-// place is a scanner that stands before some bytes, and the offset that it has there.
-type place struct {
-	what string
-	s    *scan.Scanner
-	at   int
-}
-
-// places are before some bytes alone, behind others, and in a part of others.
-func places(b []byte) []place {
-	behind := scan.Over(slices.Concat([]byte{0x0b, 0xff, 0x0b}, b))
-	behind.Bytes(3)
-	outer := scan.Over(slices.Concat([]byte{0x0b, 0xff}, b, []byte{0, 0x40, 0x0b}))
-	outer.Bytes(2)
-	return []place{{"alone", scan.Over(b), 0}, {"behind others", behind, 3}, {"in a part", outer.Sub(len(b)), 0}}
-}
-
 // checkParse checks that bytes begin with an instruction of so many bytes.
 func checkParse(t *testing.T, b []byte, want api.Instr, n int) {
 	t.Helper()
@@ -448,10 +420,10 @@ func checkParse(t *testing.T, b []byte, want api.Instr, n int) {
 	if !equal(got, want) || length != n || stop != (abort.Stop{}) {
 		t.Errorf("Parse(% x): %x, %d, %v, want %x, %d", brief(b), briefInstr(got), length, stop, briefInstr(want), n)
 	}
-	for _, p := range places(b) {
-		got, stop := abort.Value(func() api.Instr { return instr.Get(p.s) })
-		if !equal(got, want) || stop != (abort.Stop{}) || p.s.At() != p.at+n || p.s.Left() != len(b)-n {
-			t.Errorf("Get of % x, %s: %x, %v, At %d, want %x", brief(b), p.what, briefInstr(got), stop, p.s.At(), briefInstr(want))
+	for _, p := range trial.Places(b) {
+		got, stop := abort.Value(func() api.Instr { return instr.Get(p.S) })
+		if !equal(got, want) || stop != (abort.Stop{}) || p.S.At() != p.At+n || p.S.Left() != len(b)-n {
+			t.Errorf("Get of % x, %s: %x, %v, At %d, want %x", brief(b), p.What, briefInstr(got), stop, p.S.At(), briefInstr(want))
 		}
 	}
 }
@@ -463,10 +435,10 @@ func checkNoParse(t *testing.T, b []byte, why api.Errno, at int) {
 	if !isZero(got) || length != 0 || stop != (abort.Stop{Why: why, At: at}) {
 		t.Errorf("Parse(% x): %x, %d, %v, want %d at %d", brief(b), briefInstr(got), length, stop, why, at)
 	}
-	for _, p := range places(b) {
-		stop := abort.Out(func() { instr.Get(p.s) })
-		if stop != (abort.Stop{Why: why, At: p.at + at}) {
-			t.Errorf("Get of % x, %s: %v, want %d at %d", brief(b), p.what, stop, why, p.at+at)
+	for _, p := range trial.Places(b) {
+		stop := abort.Out(func() { instr.Get(p.S) })
+		if stop != (abort.Stop{Why: why, At: p.At + at}) {
+			t.Errorf("Get of % x, %s: %v, want %d at %d", brief(b), p.What, stop, why, p.At+at)
 		}
 	}
 }
@@ -489,10 +461,10 @@ func checkParseBody(t *testing.T, b []byte, want []api.Instr, n int) {
 	if !slices.EqualFunc(got, want, equal) || length != n || stop != (abort.Stop{}) {
 		t.Errorf("ParseBody(% x): %d instructions, %d, %v, want %d and %d", brief(b), len(got), length, stop, len(want), n)
 	}
-	for _, p := range places(b) {
-		got, stop := abort.Value(func() []api.Instr { return instr.GetBody(p.s) })
-		if !slices.EqualFunc(got, want, equal) || stop != (abort.Stop{}) || p.s.At() != p.at+n || p.s.Left() != len(b)-n {
-			t.Errorf("GetBody of % x, %s: %d instructions, %v, At %d", brief(b), p.what, len(got), stop, p.s.At())
+	for _, p := range trial.Places(b) {
+		got, stop := abort.Value(func() []api.Instr { return instr.GetBody(p.S) })
+		if !slices.EqualFunc(got, want, equal) || stop != (abort.Stop{}) || p.S.At() != p.At+n || p.S.Left() != len(b)-n {
+			t.Errorf("GetBody of % x, %s: %d instructions, %v, At %d", brief(b), p.What, len(got), stop, p.S.At())
 		}
 	}
 }
@@ -504,10 +476,10 @@ func checkNoBody(t *testing.T, b []byte, why api.Errno, at int) {
 	if len(got) != 0 || length != 0 || stop != (abort.Stop{Why: why, At: at}) {
 		t.Errorf("ParseBody(% x): %d instructions, %d, %v, want %d at %d", brief(b), len(got), length, stop, why, at)
 	}
-	for _, p := range places(b) {
-		stop := abort.Out(func() { instr.GetBody(p.s) })
-		if stop != (abort.Stop{Why: why, At: p.at + at}) {
-			t.Errorf("GetBody of % x, %s: %v, want %d at %d", brief(b), p.what, stop, why, p.at+at)
+	for _, p := range trial.Places(b) {
+		stop := abort.Out(func() { instr.GetBody(p.S) })
+		if stop != (abort.Stop{Why: why, At: p.At + at}) {
+			t.Errorf("GetBody of % x, %s: %v, want %d at %d", brief(b), p.What, stop, why, p.At+at)
 		}
 	}
 }
@@ -918,10 +890,10 @@ func TestCountsOfLabels(t *testing.T) {
 func TestAsTheModel(t *testing.T) {
 	alphabet := []byte{0x00, 0x01, 0x02, 0x05, 0x06, 0x0b, 0x0c, 0x0e, 0x10, 0x11, 0x28, 0x3f, 0x40, 0x41, 0x42, 0x43, 0x7d, 0x7f, 0x80, 0x92, 0xff}
 	for n := range 4 {
-		words(alphabet, n, func(b []byte) { checkModel(t, b) })
+		trial.Words(alphabet, n, func(b []byte) { checkModel(t, b) })
 	}
 	for _, lead := range [][]byte{{0x0e}, {0x28}, {0x11}, {0x41}, {0x42}} {
-		words([]byte{0, 1, 2, 0x7f, 0x80, 0xff}, 5, func(b []byte) { checkModel(t, append(slices.Clip(lead), b...)) })
+		trial.Words([]byte{0, 1, 2, 0x7f, 0x80, 0xff}, 5, func(b []byte) { checkModel(t, append(slices.Clip(lead), b...)) })
 	}
 	for _, x := range []byte{0x00, 0x08, 0x0f, 0x10, 0x70, 0x77, 0x78, 0x7f} {
 		for _, op := range []byte{0x0c, 0x41, 0x42} {
@@ -1064,12 +1036,12 @@ func TestErrorsOfGet(t *testing.T) {
 func TestAllShapes(t *testing.T) {
 	alphabet := ops(nop + block + loop + cond + other + end)
 	for n := range 7 {
-		words(alphabet, n, func(list []api.Instr) {
+		trial.Words(alphabet, n, func(list []api.Instr) {
 			checkShape(t, list, modelShape(list))
 			checkBodyModel(t, encoded(list))
 		})
 	}
-	words(ops(block+cond+other+end), 8, func(list []api.Instr) {
+	trial.Words(ops(block+cond+other+end), 8, func(list []api.Instr) {
 		checkShape(t, list, modelShape(list))
 		checkBodyModel(t, encoded(list))
 	})
@@ -1078,7 +1050,7 @@ func TestAllShapes(t *testing.T) {
 // TestShapeAndGetBody: a list is a body just if GetBody reads all of its bytes.
 func TestShapeAndGetBody(t *testing.T) {
 	for n := range 7 {
-		words(ops(nop+loop+cond+other+end), n, func(list []api.Instr) {
+		trial.Words(ops(nop+loop+cond+other+end), n, func(list []api.Instr) {
 			b := encoded(list)
 			_, length, stop := instr.ParseBody(b)
 			if is := stop.Why == 0 && length == len(b); is != (instr.Shape(list) == 0) {
@@ -1268,11 +1240,7 @@ func TestInstructionsBehindEachOther(t *testing.T) {
 
 // TestAnyBytes reads and writes what comes by chance: the same numbers each time.
 func TestAnyBytes(t *testing.T) {
-	seed := uint32(1)
-	next := func(n int) int {
-		seed = seed*1664525 + 1013904223
-		return int(seed>>8) % n
-	}
+	next := trial.Chance(1)
 	alphabet := "\x00\x01\x02\x03\x04\x05\x0b\x0b\x0b\x0c\x0e\x10\x11\x1a\x20\x28\x3f\x40\x41\x42\x6a\x7e\x7f\x80\x92\xff"
 	for range 20000 {
 		b := make([]byte, next(30))
@@ -1354,12 +1322,6 @@ func TestArgumentsAreNotKept(t *testing.T) {
 
 // TestResultsAreNew spoils results, with all that they have room for, and asks again.
 func TestResultsAreNew(t *testing.T) {
-	spoil := func(b []byte) {
-		b = b[:cap(b)]
-		for at := range b {
-			b[at] = 0xee
-		}
-	}
 	for _, i := range samples {
 		want := modelPut(i)
 		for range 3 {
@@ -1367,7 +1329,7 @@ func TestResultsAreNew(t *testing.T) {
 			if !bytes.Equal(b, want) {
 				t.Errorf("Put(%x): % x", i, b)
 			}
-			spoil(b)
+			trial.Spoil(b, 0xee)
 		}
 	}
 	body := ops(block + end + end)
@@ -1376,15 +1338,12 @@ func TestResultsAreNew(t *testing.T) {
 		if !bytes.Equal(b, encoded(body)) {
 			t.Errorf("PutBody: % x", b)
 		}
-		spoil(b)
+		trial.Spoil(b, 0xee)
 	}
 	b := []byte{0x0e, 2, 5, 6, 7, 0x0e, 1, 8, 9, 0x0e, 0, 1, 0x0b}
 	first, _, _ := instr.ParseBody(b)
 	for at := range first {
-		l := first[at].L[:cap(first[at].L)]
-		for n := range l {
-			l[n] = 0xeeee
-		}
+		trial.Spoil(first[at].L, 0xeeee)
 		if again, _, _ := instr.ParseBody(b); len(again) != 4 || !slices.Equal(again[0].L, []uint32{5, 6}) || !slices.Equal(again[1].L, []uint32{8}) || len(again[2].L) != 0 {
 			t.Errorf("ParseBody: %x", again)
 		}

@@ -12,6 +12,7 @@ import (
 	"creel/api"
 	"creel/leb"
 	"creel/scan"
+	"creel/trial"
 	"creel/types"
 	"creel/utf"
 )
@@ -350,19 +351,6 @@ func shorten(b []byte) string {
 		text = append(text, "..."...)
 	}
 	return string(text)
-}
-
-// words are all the strings of so many bytes of an alphabet.
-func words(alphabet string, n int, f func(b []byte)) {
-	if n == 0 {
-		f(nil)
-		return
-	}
-	words(alphabet, n-1, func(b []byte) {
-		for i := range len(alphabet) {
-			f(append(slices.Clip(b), alphabet[i]))
-		}
-	})
 }
 
 // funcBytes is the encoding of a function type, by the lengths' bytes.
@@ -908,11 +896,11 @@ func TestAsTheModel(t *testing.T) {
 			checkModel(t, e, []byte{byte(x)})
 		}
 		for n := range 4 {
-			words("\x00\x01\x02\x03\x10\x40\x4e\x60\x61\x6f\x70\x7c\x7d\x7e\x7f\x80\x90\xa0\xc3\xff", n, func(b []byte) { checkModel(t, e, b) })
+			trial.Words([]byte("\x00\x01\x02\x03\x10\x40\x4e\x60\x61\x6f\x70\x7c\x7d\x7e\x7f\x80\x90\xa0\xc3\xff"), n, func(b []byte) { checkModel(t, e, b) })
 		}
-		words("\x00\x01\x02\x60\x70\x7e\x7f\x80", 4, func(b []byte) { checkModel(t, e, b) })
+		trial.Words([]byte("\x00\x01\x02\x60\x70\x7e\x7f\x80"), 4, func(b []byte) { checkModel(t, e, b) })
 	}
-	words("\x00\x01\x02\x7d\x7f\x80", 5, func(b []byte) {
+	trial.Words([]byte("\x00\x01\x02\x7d\x7f\x80"), 5, func(b []byte) {
 		checkModel(t, elements()[5], append([]byte{0x60}, b...))
 		checkModel(t, elements()[7], append([]byte{0x70}, b...))
 	})
@@ -994,11 +982,7 @@ func TestLimitsAreReadBack(t *testing.T) {
 
 // TestAnyCalls reads random bytes by random calls with random arguments, and goes on behind errors: nothing but a Stop gets out, and the place stays within the bytes.
 func TestAnyCalls(t *testing.T) {
-	seed := uint32(1)
-	next := func(n int) int {
-		seed = seed*1664525 + 1013904223
-		return int(seed>>8) % n
-	}
+	next := trial.Chance(1)
 	arguments := []int{math.MinInt, -65, -1, 0, 1, 2, 3, 7, 8, 31, 32, 33, 63, 64, 65, math.MaxInt - 1, math.MaxInt}
 	for range 3000 {
 		data := make([]byte, next(40))
@@ -1069,19 +1053,13 @@ func TestBytesAreNotKept(t *testing.T) {
 func TestResultsAreNew(t *testing.T) {
 	data := []byte("abcdefgh")
 	s := scan.Over(data)
-	spoil := func(b []byte) {
-		b = b[:cap(b)]
-		for i := range b {
-			b[i] = '!'
-		}
-	}
-	spoil(s.Bytes(0))
-	spoil(s.Bytes(2))
+	trial.Spoil(s.Bytes(0), '!')
+	trial.Spoil(s.Bytes(2), '!')
 	sub := s.Sub(3)
-	spoil(sub.Bytes(1))
-	spoil(sub.Bytes(0))
+	trial.Spoil(sub.Bytes(1), '!')
+	trial.Spoil(sub.Bytes(0), '!')
 	first := s.Bytes(2)
-	spoil(s.Bytes(0))
+	trial.Spoil(s.Bytes(0), '!')
 	if got := rest(sub) + string(first) + rest(s); got != "defgh" || string(data) != "abcdefgh" {
 		t.Errorf("%s, and the bytes are %s", got, data)
 	}

@@ -11,6 +11,7 @@ import (
 	"creel/api"
 	"creel/scan"
 	"creel/sect"
+	"creel/trial"
 )
 
 // The model is written from the chapters with numbers of its own: it takes bytes by their offsets, and asks no layer.
@@ -103,21 +104,13 @@ func modelSplit(b []byte) ([]sect.Section, abort.Stop) {
 	return list, abort.Stop{}
 }
 
-// modelUint is the shortest varint of a length.
-func modelUint(n int) string {
-	if n < 128 {
-		return string([]byte{byte(n)})
-	}
-	return string([]byte{byte(n%128 + 128)}) + modelUint(n/128)
-}
-
 // modelPut is P9.3's first sentence.
 func modelPut(x sect.Section) string {
 	body := string(x.Body)
 	if x.ID == 0 {
-		body = modelUint(len(x.Name)) + x.Name + body
+		body = trial.Uint(len(x.Name)) + x.Name + body
 	}
-	return string([]byte{x.ID}) + modelUint(len(body)) + body
+	return string([]byte{x.ID}) + trial.Uint(len(body)) + body
 }
 
 func modelJoin(list []sect.Section) string {
@@ -149,27 +142,6 @@ func same(a, b sect.Section) bool {
 
 func isZero(x sect.Section) bool { return same(x, sect.Section{}) && len(x.Body) == 0 }
 
-// short is what of bytes is worth telling.
-func short(b []byte) []byte { return b[:min(len(b), 40)] }
-
-// place is a scanner that stands before some bytes, and the offset that it has there.
-type place struct {
-	s  *scan.Scanner
-	at int
-}
-
-// places are before some bytes alone, behind others, and in a part of others.
-func places(b []byte) []place {
-	behind := scan.Over(slices.Concat([]byte{0x01, 0x01, 0x00}, b))
-	behind.Bytes(3)
-	outer := scan.Over(slices.Concat([]byte{0x41}, b, []byte{0x00, 0x00, 0x00}))
-	outer.Byte()
-	inner := outer.Sub(len(b))
-	far := scan.Over(slices.Concat(make([]byte, 1000), b))
-	far.Bytes(1000)
-	return []place{{scan.Over(b), 0}, {behind, 3}, {inner, 0}, {far, 1000}}
-}
-
 // try reads, and returns the error with which that aborts.
 func try(s *scan.Scanner) (sect.Section, abort.Stop) {
 	return abort.Value(func() sect.Section { return sect.Next(s) })
@@ -178,15 +150,15 @@ func try(s *scan.Scanner) (sect.Section, abort.Stop) {
 // checkNext checks that bytes begin with a section of so many bytes, whose At is the one in these bytes.
 func checkNext(t *testing.T, b []byte, want sect.Section, n int) {
 	t.Helper()
-	for which, p := range places(b) {
+	for _, p := range trial.Places(b) {
 		here := want
-		here.At += p.at
-		got, stop := try(p.s)
+		here.At += p.At
+		got, stop := try(p.S)
 		if !same(got, here) || stop != (abort.Stop{}) {
-			t.Errorf("Next of % x, place %d: %v, %v, want %v", short(b), which, got, stop, here)
+			t.Errorf("Next of % x, %s: %v, %v, want %v", trial.Short(b), p.What, got, stop, here)
 		}
-		if p.s.At() != p.at+n || p.s.Left() != len(b)-n {
-			t.Errorf("Next of % x, place %d: then At %d and Left %d, want %d and %d", short(b), which, p.s.At(), p.s.Left(), p.at+n, len(b)-n)
+		if p.S.At() != p.At+n || p.S.Left() != len(b)-n {
+			t.Errorf("Next of % x, %s: then At %d and Left %d, want %d and %d", trial.Short(b), p.What, p.S.At(), p.S.Left(), p.At+n, len(b)-n)
 		}
 	}
 }
@@ -194,10 +166,10 @@ func checkNext(t *testing.T, b []byte, want sect.Section, n int) {
 // checkNoNext checks that bytes begin with no section, and why, and where.
 func checkNoNext(t *testing.T, b []byte, why api.Errno, at int) {
 	t.Helper()
-	for which, p := range places(b) {
-		got, stop := try(p.s)
-		if !isZero(got) || stop != (abort.Stop{Why: why, At: p.at + at}) {
-			t.Errorf("Next of % x, place %d: %v, %v, want %d at %d", short(b), which, got, stop, why, p.at+at)
+	for _, p := range trial.Places(b) {
+		got, stop := try(p.S)
+		if !isZero(got) || stop != (abort.Stop{Why: why, At: p.At + at}) {
+			t.Errorf("Next of % x, %s: %v, %v, want %d at %d", trial.Short(b), p.What, got, stop, why, p.At+at)
 		}
 	}
 }
@@ -217,7 +189,7 @@ func checkSplit(t *testing.T, b []byte, want []sect.Section) {
 	t.Helper()
 	got, stop := sect.Split(b)
 	if stop != (abort.Stop{}) || !slices.EqualFunc(got, want, same) {
-		t.Errorf("Split of % x (%d bytes): %d sections, %v, want %d sections", short(b), len(b), len(got), stop, len(want))
+		t.Errorf("Split of % x (%d bytes): %d sections, %v, want %d sections", trial.Short(b), len(b), len(got), stop, len(want))
 	}
 }
 
@@ -225,7 +197,7 @@ func checkNoSplit(t *testing.T, b []byte, why api.Errno, at int) {
 	t.Helper()
 	got, stop := sect.Split(b)
 	if len(got) != 0 || stop != (abort.Stop{Why: why, At: at}) {
-		t.Errorf("Split of % x (%d bytes): %d sections, %v, want %d at %d", short(b), len(b), len(got), stop, why, at)
+		t.Errorf("Split of % x (%d bytes): %d sections, %v, want %d at %d", trial.Short(b), len(b), len(got), stop, why, at)
 	}
 }
 
@@ -242,14 +214,14 @@ func checkSplitModel(t *testing.T, b []byte) {
 func checkPut(t *testing.T, x sect.Section, want string) {
 	t.Helper()
 	if got := sect.Put(x); string(got) != want {
-		t.Errorf("Put(%d, %q, %d bytes): % x, want % x", x.ID, x.Name, len(x.Body), short(got), short([]byte(want)))
+		t.Errorf("Put(%d, %q, %d bytes): % x, want % x", x.ID, x.Name, len(x.Body), trial.Short(got), trial.Short([]byte(want)))
 	}
 }
 
 func checkJoin(t *testing.T, list []sect.Section, want string) {
 	t.Helper()
 	if got := sect.Join(list); string(got) != want {
-		t.Errorf("Join of %d sections: % x, want % x", len(list), short(got), short([]byte(want)))
+		t.Errorf("Join of %d sections: % x, want % x", len(list), trial.Short(got), trial.Short([]byte(want)))
 	}
 }
 
@@ -270,19 +242,6 @@ func checkFind(t *testing.T, list []sect.Section, id byte, name string, at int) 
 func plain(id, mark byte) sect.Section { return sect.Section{ID: id, Body: []byte{mark}} }
 
 func custom(name string, body ...byte) sect.Section { return sect.Section{Name: name, Body: body} }
-
-// words are all the strings of so many bytes of an alphabet.
-func words(alphabet []byte, n int, f func(b []byte)) {
-	if n == 0 {
-		f(nil)
-		return
-	}
-	words(alphabet, n-1, func(b []byte) {
-		for _, x := range alphabet {
-			f(append(slices.Clip(b), x))
-		}
-	})
-}
 
 // samples are the bytes of a section each, and what they are.
 func samples() []struct {
@@ -468,9 +427,9 @@ func TestNameTooLong(t *testing.T) {
 func TestNameNotUTF8(t *testing.T) {
 	for _, name := range []string{"\x80", "\xff", "\xc0\x80", "\xe2\x82", "\xed\xa0\x80", "\xf4\x90\x80\x80", "a\xff", "abc\xe2\x82", "\u20ac\xff", "\xffabc"} {
 		for _, more := range []string{"", "\x00", "\xac\x80\x80", "abc"} {
-			body := modelUint(len(name)) + name + more
-			checkNoNext(t, []byte("\x00"+modelUint(len(body))+body), 4, 3)
-			checkNoNext(t, []byte("\x00"+modelUint(len(body))+body+"\x80\x80"), 4, 3)
+			body := trial.Uint(len(name)) + name + more
+			checkNoNext(t, []byte("\x00"+trial.Uint(len(body))+body), 4, 3)
+			checkNoNext(t, []byte("\x00"+trial.Uint(len(body))+body+"\x80\x80"), 4, 3)
 		}
 	}
 	// The length of the name, and that of the section, in more bytes than they need.
@@ -507,8 +466,8 @@ func TestWrongLengthsOfNames(t *testing.T) {
 func TestNameFillsTheSection(t *testing.T) {
 	for n := range 201 {
 		name := strings.Repeat("n", n)
-		body := modelUint(n) + name
-		b := "\x00" + modelUint(len(body)) + body
+		body := trial.Uint(n) + name
+		b := "\x00" + trial.Uint(len(body)) + body
 		checkNext(t, []byte(b), sect.Section{Name: name, At: len(b)}, len(b))
 		checkNext(t, []byte(b+"\x01"), sect.Section{Name: name, At: len(b)}, len(b))
 	}
@@ -518,7 +477,7 @@ func TestNameFillsTheSection(t *testing.T) {
 func TestOtherSectionsHaveNoName(t *testing.T) {
 	for id := 1; id < 12; id++ {
 		for _, body := range []string{"\x01a", "\x01\xff", "\xc9\x01", "\x80", "\x05a", "\xff\xff\xff\xff\xff"} {
-			b := string([]byte{byte(id)}) + modelUint(len(body)) + body
+			b := string([]byte{byte(id)}) + trial.Uint(len(body)) + body
 			checkNext(t, []byte(b), sect.Section{ID: byte(id), Body: []byte(body), At: 2}, len(b))
 		}
 	}
@@ -549,7 +508,7 @@ func TestNextInTurn(t *testing.T) {
 func TestAllShortSections(t *testing.T) {
 	alphabet := []byte{0x00, 0x01, 0x02, 0x03, 0x0b, 0x0c, 'a', 0x7f, 0x80, 0xff}
 	for n := range 6 {
-		words(alphabet, n, func(b []byte) { checkNextModel(t, b) })
+		trial.Words(alphabet, n, func(b []byte) { checkNextModel(t, b) })
 	}
 }
 
@@ -692,7 +651,7 @@ func TestEqualAndFallingNumbers(t *testing.T) {
 func TestAllOrders(t *testing.T) {
 	all := []byte{0, 1, 2, 3, 4, 5, 6, 7, 8, 9, 10, 11}
 	for n := range 5 {
-		words(all, n, func(ids []byte) {
+		trial.Words(all, n, func(ids []byte) {
 			b := []byte(head)
 			for at, id := range ids {
 				b = append(b, modelPut(plain(id, byte(at)))...)
@@ -800,7 +759,7 @@ func TestEveryByteChanged(t *testing.T) {
 func TestAllShortModules(t *testing.T) {
 	alphabet := []byte{0x00, 0x01, 0x02, 0x03, 0x0b, 0x0c, 0x80, 0xff}
 	for n := range 7 {
-		words(alphabet, n, func(b []byte) { checkSplitModel(t, append([]byte(head), b...)) })
+		trial.Words(alphabet, n, func(b []byte) { checkSplitModel(t, append([]byte(head), b...)) })
 	}
 }
 
@@ -923,7 +882,7 @@ func TestFind(t *testing.T) {
 // TestFindEverything asks for all numbers and names in all lists of three.
 func TestFindEverything(t *testing.T) {
 	names := []string{"", "a", "b"}
-	words([]byte{0, 1, 2, 3, 4, 5}, 3, func(w []byte) {
+	trial.Words([]byte{0, 1, 2, 3, 4, 5}, 3, func(w []byte) {
 		var list []sect.Section
 		for at, x := range w {
 			list = append(list, sect.Section{ID: x / 3, Name: names[x%3], Body: []byte{byte(at)}, At: at})
@@ -942,11 +901,7 @@ func TestFindEverything(t *testing.T) {
 func TestSplitInvertsJoin(t *testing.T) {
 	names := []string{"", "a", "dylink.0", "\u20ac", strings.Repeat("n", 127), strings.Repeat("n", 200)}
 	sizes := []int{0, 1, 2, 125, 126, 127, 128, 300, 16383, 16384}
-	seed := uint32(1)
-	next := func(n int) int {
-		seed = seed*1664525 + 1013904223
-		return int(seed>>8) % n
-	}
+	next := trial.Chance(1)
 	for range 2000 {
 		var list []sect.Section
 		for id := 1; id < 12; id++ {
@@ -1003,11 +958,7 @@ func TestWhatIsNotRising(t *testing.T) {
 
 // TestAnything splits, joins and finds what comes by chance: the same numbers each time.
 func TestAnything(t *testing.T) {
-	seed := uint32(7)
-	next := func(n int) int {
-		seed = seed*1664525 + 1013904223
-		return int(seed>>8) % n
-	}
+	next := trial.Chance(7)
 	for range 20000 {
 		b := make([]byte, next(30))
 		for at := range b {
@@ -1068,27 +1019,19 @@ func TestArgumentsStay(t *testing.T) {
 	}
 }
 
-// spoil overwrites bytes, with all that they have room for.
-func spoil(b []byte) {
-	b = b[:cap(b)]
-	for at := range b {
-		b[at] = 0xee
-	}
-}
-
 // TestArgumentsAreNotKept spoils what was handed in: the results stay.
 func TestArgumentsAreNotKept(t *testing.T) {
 	for _, x := range samples() {
 		b := []byte(x.b)
 		got, _ := try(scan.Over(b))
-		spoil(b)
+		trial.Spoil(b, 0xee)
 		if !same(got, x.x) {
 			t.Errorf("Next: %v, want %v", got, x.x)
 		}
 		b = []byte(head + x.b)
 		want, _ := modelSplit(slices.Clone(b))
 		list, _ := sect.Split(b)
-		spoil(b)
+		trial.Spoil(b, 0xee)
 		if !slices.EqualFunc(list, want, same) {
 			t.Errorf("Split: %v, want %v", list, want)
 		}
@@ -1096,7 +1039,7 @@ func TestArgumentsAreNotKept(t *testing.T) {
 		y.Body = slices.Clone(y.Body)
 		put, joined := sect.Put(y), sect.Join([]sect.Section{y})
 		found, _ := sect.Find([]sect.Section{y}, y.ID, y.Name)
-		spoil(y.Body)
+		trial.Spoil(y.Body, 0xee)
 		if string(put) != modelPut(x.x) || string(joined) != head+modelPut(x.x) || !same(found, x.x) {
 			t.Errorf("%v: Put, Join or Find changed", x.x)
 		}
@@ -1115,18 +1058,18 @@ func TestResultsAreNew(t *testing.T) {
 				t.Errorf("section %d: %v, want %v", at, list[at], want[at])
 			}
 			found, ok := sect.Find(list, list[at].ID, list[at].Name)
-			spoil(found.Body)
-			spoil(sect.Put(list[at]))
+			trial.Spoil(found.Body, 0xee)
+			trial.Spoil(sect.Put(list[at]), 0xee)
 			if !ok || !same(list[at], want[at]) {
 				t.Errorf("section %d after Find and Put: %v, want %v", at, list[at], want[at])
 			}
 		}
-		spoil(sect.Join(list))
+		trial.Spoil(sect.Join(list), 0xee)
 		for at := range list {
 			if !same(list[at], want[at]) {
 				t.Errorf("section %d after Join and after others: %v, want %v", at, list[at], want[at])
 			}
-			spoil(list[at].Body)
+			trial.Spoil(list[at].Body, 0xee)
 		}
 		if !bytes.Equal(b, whole) {
 			t.Errorf("the bytes are % x", b)
@@ -1145,7 +1088,7 @@ func TestNextLeavesItsScanner(t *testing.T) {
 		if !same(got, want) || stop != (abort.Stop{}) {
 			t.Errorf("Next: %v, %v, want %v", got, stop, want)
 		}
-		spoil(got.Body)
+		trial.Spoil(got.Body, 0xee)
 	}
 	if !s.Done() || !outer.Done() {
 		t.Errorf("%d and %d bytes are left", s.Left(), outer.Left())
