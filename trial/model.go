@@ -148,6 +148,17 @@ func TypeError(t byte) api.Errno {
 	return 7
 }
 
+// NameError is that of a name.
+func NameError(s string) api.Errno {
+	switch {
+	case len(s) > 200:
+		return 13
+	case !utf8.ValidString(s):
+		return 4
+	}
+	return 0
+}
+
 // Global is the type of a global.
 func (m *Model) Global() api.GlobalType {
 	var g api.GlobalType
@@ -179,3 +190,6 @@ func Uint[N int | uint32 | uint64](n N) string {
 	}
 	return string([]byte{byte(n%128 + 128)}) + Uint(n/128)
 }
+
+// Sized are the bytes of a string behind their number.
+func Sized(s string) string { return Uint(len(s)) + s }

@@ -1,0 +1,50 @@
+// Package wire reads and writes what several sections of a module have in common: names, kinds, and lists of elements.
+package wire
+
+import (
+	"creel/abort"
+	"creel/api"
+	"creel/leb"
+	"creel/scan"
+)
+
+// Size: how many bytes, or elements, follow.
+func Size(n int) []byte { return leb.Uint(uint64(n)) }
+
+// Name: how many bytes it has, and these.
+func Name(s string) []byte { return append(Size(len(s)), s...) }
+
+// Kind: that of an import or an export, which comes next. ErrKind: there is no such one.
+func Kind(s *scan.Scanner) byte {
+	at := s.At()
+	k := s.Byte()
+	abort.Unless(k <= api.KindGlobal, api.ErrKind, at)
+	return k
+}
+
+// GetAll: a list, of which one reads an element, and its end. The first error.
+func GetAll[E any](s *scan.Scanner, one func(s *scan.Scanner) E) []E {
+	var list []E
+	// Room for all of them is not taken ahead: a few bytes could ask for a lot.
+	for range s.Count() {
+		list = append(list, one(s))
+	}
+	s.End()
+	return list
+}
+
+// PutAll: a list's bytes; those of an element are one's. ErrMany: too many elements; the first error.
+func PutAll[E any](list []E, one func(x E) ([]byte, api.Errno)) ([]byte, api.Errno) {
+	if len(list) > api.MaxItems {
+		return nil, api.ErrMany
+	}
+	b := Size(len(list))
+	for _, x := range list {
+		more, e := one(x)
+		if e != api.OK {
+			return nil, e
+		}
+		b = append(b, more...)
+	}
+	return b, api.OK
+}
