@@ -13,269 +13,25 @@ import (
 	"creel/trial"
 )
 
-// The models are written from the chapter with numbers of their own, and share nothing with the package.
-
-// kinds has a letter for each opcode: . none, b block, n one number, l labels, i indirect, m memory, z a nought, s and S constants of 32 and of 64 bits; F for floats, and a blank for what is no instruction.
-const kinds = "" +
-	"..bbb.     .nnl." + // 00
-	"ni        ..    " + // 10
-	"nnnnn   mmFFmmmm" + // 20
-	"mmmmmmmmFFmmmmmz" + // 30
-	"zsSFF..........." + // 40
-	"...........FFFFF" + // 50
-	"FFFFFFF........." + // 60
-	"................" + // 70
-	"...........FFFFF" + // 80
-	"FFFFFFFFFFFFFFFF" + // 90
-	"FFFFFFF.FFFF..FF" + // a0
-	"FFFFFFFFFFFFFFFF" + // b0
-	"                " + // c0
-	"                " + // d0
-	"                " + // e0
-	"                " // f0
-
-// modelOp is the error of an opcode.
-func modelOp(op byte) api.Errno {
-	switch kinds[op] {
-	case 'F':
-		return 8
-	case ' ':
-		return 9
-	}
-	return 0
-}
-
-// modelBlock is the error of a block's type.
-func modelBlock(a uint64) api.Errno {
-	switch a {
-	case 0x40, 0x7f, 0x7e:
-		return 0
-	case 0x7d, 0x7c:
-		return 8
-	}
-	return 7
-}
-
-// modelRight is P7.1: each line is an error that may apply, in their order.
-func modelRight(i api.Instr) api.Errno {
-	kind := kinds[i.Op]
-	if e := modelOp(i.Op); e != 0 {
-		return e
-	}
-	if kind != 'l' && len(i.L) != 0 {
-		return 1
-	}
-	if len(i.L) >= 10001 {
-		return 29
-	}
-	if kind != 'm' && i.B != 0 {
-		return 1
-	}
-	if (kind == '.' || kind == 'z') && i.A != 0 {
-		return 1
-	}
-	if kind == 'b' {
-		return modelBlock(i.A)
-	}
-	if kind != 'S' && (i.A>>32 != 0 || i.B>>32 != 0) {
-		return 1
-	}
-	return 0
-}
-
-// unsigned is the shortest varint of a number.
-func unsigned(v uint64) []byte {
-	if v < 128 {
-		return []byte{byte(v)}
-	}
-	return append([]byte{byte(v%128) + 128}, unsigned(v/128)...)
-}
-
-// signed is the shortest one of a number with a sign: one byte has room for -64 to 63.
-func signed(v int64) []byte {
-	low := byte(uint64(v) % 128)
-	if -64 <= v && v <= 63 {
-		return []byte{low}
-	}
-	return append([]byte{low + 128}, signed((v-int64(low))/128)...)
-}
-
-// modelPut is the encoding of an instruction that may be.
-func modelPut(i api.Instr) []byte {
-	b := []byte{i.Op}
-	switch kinds[i.Op] {
-	case 'b':
-		b = append(b, byte(i.A))
-	case 'n':
-		b = append(b, unsigned(i.A)...)
-	case 'l':
-		b = append(b, unsigned(uint64(len(i.L)))...)
-		for _, l := range i.L {
-			b = append(b, unsigned(uint64(l))...)
-		}
-		b = append(b, unsigned(i.A)...)
-	case 'i':
-		b = append(append(b, unsigned(i.A)...), 0)
-	case 'm':
-		b = append(append(b, unsigned(i.A)...), unsigned(i.B)...)
-	case 'z':
-		b = append(b, 0)
-	case 's':
-		v := int64(i.A)
-		if v >= 1<<31 {
-			v -= 1 << 32
-		}
-		b = append(b, signed(v)...)
-	case 'S':
-		b = append(b, signed(int64(i.A))...)
-	}
-	return b
-}
-
-// reader reads as P7.2 and P7.3 say it: it does not abort, but keeps the first error, and reads no more then.
-type reader struct {
-	data []byte
-	at   int
-	stop abort.Stop
-}
-
-func (r *reader) ok() bool { return r.stop.Why == 0 }
-
-func (r *reader) fail(why api.Errno, at int) {
-	if r.ok() {
-		r.stop = abort.Stop{Why: why, At: at}
-	}
-}
-
-func (r *reader) byte() byte {
-	if r.at == len(r.data) {
-		r.fail(2, r.at)
-	}
-	if !r.ok() {
-		return 0
-	}
-	r.at++
-	return r.data[r.at-1]
-}
-
-// varint is a number of 32 or 64 bits; the bits that are too many have to be zeros, or, with a sign, what the last that counts is.
-func (r *reader) varint(bits int, sign bool) uint64 {
-	start := r.at
-	var list []byte
-	for more := true; more && r.ok(); {
-		if len(list) >= bits {
-			r.fail(3, start)
-			break
-		}
-		if r.at == len(r.data) {
-			r.fail(2, start)
-			break
-		}
-		b := r.byte()
-		more = b&128 != 0
-		for i := range 7 {
-			list = append(list, b>>i&1)
-		}
-	}
-	if !r.ok() {
-		return 0
-	}
-	for len(list) < 64 {
-		list = append(list, list[len(list)-1])
-		if !sign {
-			list[len(list)-1] = 0
-		}
-	}
-	v := uint64(0)
-	for i, bit := range list {
-		if i >= bits && (sign && bit != list[bits-1] || !sign && bit != 0) {
-			r.fail(3, start)
-		}
-		if i < bits {
-			v |= uint64(bit) << i
-		}
-	}
-	return v
-}
-
-func (r *reader) number() uint64 { return r.varint(32, false) }
-
-func (r *reader) nought() {
-	start := r.at
-	if r.byte() != 0 {
-		r.fail(10, start)
-	}
-}
-
-func (r *reader) block() uint64 {
-	start := r.at
-	t := uint64(r.byte())
-	r.fail(modelBlock(t), start)
-	return t
-}
-
-func (r *reader) labels() []uint32 {
-	start := r.at
-	n := r.number()
-	if n > 10000 {
-		r.fail(29, start)
-	}
-	var list []uint32
-	for ; n > 0 && r.ok(); n-- {
-		list = append(list, uint32(r.number()))
-	}
-	return list
-}
-
-// instr is the next instruction; it means nothing behind an error.
-func (r *reader) instr() api.Instr {
-	start := r.at
-	i := api.Instr{Op: r.byte()}
-	r.fail(modelOp(i.Op), start)
-	if !r.ok() {
-		return i
-	}
-	switch kinds[i.Op] {
-	case 'b':
-		i.A = r.block()
-	case 'n':
-		i.A = r.number()
-	case 'l':
-		i.L = r.labels()
-		i.A = r.number()
-	case 'i':
-		i.A = r.number()
-		r.nought()
-	case 'm':
-		i.A = r.number()
-		i.B = r.number()
-	case 'z':
-		r.nought()
-	case 's':
-		i.A = r.varint(32, true)
-	case 'S':
-		i.A = r.varint(64, true)
-	}
-	return i
-}
+// What the models of package trial leave out is written here: bodies and their shape, from the chapter, with numbers of its own.
 
 // body reads the instructions up to the end of what is open, and of the blocks inside each by calling itself: whether an else may come is known where it comes.
-func (r *reader) body(list []api.Instr, elses int) []api.Instr {
-	for r.ok() {
-		start := r.at
-		i := r.instr()
+func body(m *trial.Model, list []api.Instr, elses int) []api.Instr {
+	for !m.Failed() {
+		start := m.At
+		i := m.Instr()
 		if len(list) == 20000 {
-			r.fail(29, start)
+			m.Fail(29, start)
 		}
 		if i.Op == 0x05 && elses == 0 {
-			r.fail(30, start)
+			m.Fail(30, start)
 		}
 		list = append(list, i)
 		switch i.Op {
 		case 0x02, 0x03:
-			list = r.body(list, 0)
+			list = body(m, list, 0)
 		case 0x04:
-			list = r.body(list, 1)
+			list = body(m, list, 1)
 		case 0x05:
 			elses = 0
 		case 0x0b:
@@ -287,21 +43,21 @@ func (r *reader) body(list []api.Instr, elses int) []api.Instr {
 
 // readInstr and readBody are what the model reads at the beginning of bytes: nothing, if there is an error.
 func readInstr(b []byte) (api.Instr, int, abort.Stop) {
-	r := &reader{data: b}
-	i := r.instr()
-	if !r.ok() {
-		return api.Instr{}, 0, r.stop
+	m := trial.NewModel(string(b))
+	i := m.Instr()
+	if m.Failed() {
+		return api.Instr{}, 0, m.Stop
 	}
-	return i, r.at, abort.Stop{}
+	return i, m.At, abort.Stop{}
 }
 
 func readBody(b []byte) ([]api.Instr, int, abort.Stop) {
-	r := &reader{data: b}
-	list := r.body(nil, 0)
-	if !r.ok() {
-		return nil, 0, r.stop
+	m := trial.NewModel(string(b))
+	list := body(m, nil, 0)
+	if m.Failed() {
+		return nil, 0, m.Stop
 	}
-	return list, r.at, abort.Stop{}
+	return list, m.At, abort.Stop{}
 }
 
 // modelShape goes through a list with a text for each block that is open: a question mark, if an else may come in it.
@@ -338,19 +94,6 @@ func modelShape(list []api.Instr) api.Errno {
 	return 30
 }
 
-// equal is whether two instructions are equal, a nil list and an empty one taken for the same.
-func equal(a, b api.Instr) bool {
-	if a.Op != b.Op || a.A != b.A || a.B != b.B || len(a.L) != len(b.L) {
-		return false
-	}
-	for at := range a.L {
-		if a.L[at] != b.L[at] {
-			return false
-		}
-	}
-	return true
-}
-
 func isZero(i api.Instr) bool { return i.Op == 0 && i.A == 0 && i.B == 0 && len(i.L) == 0 }
 
 // many are so many labels.
@@ -367,7 +110,7 @@ func ops(list string) []api.Instr {
 	var body []api.Instr
 	for _, op := range []byte(list) {
 		i := api.Instr{Op: op}
-		if kinds[op] == 'b' {
+		if trial.Immediates[op] == 'b' {
 			i.A = 0x40
 		}
 		body = append(body, i)
@@ -379,7 +122,7 @@ func ops(list string) []api.Instr {
 func encoded(list []api.Instr) []byte {
 	var b []byte
 	for _, i := range list {
-		b = append(b, modelPut(i)...)
+		b = append(b, trial.InstrBytes(i)...)
 	}
 	return b
 }
@@ -417,12 +160,12 @@ func checkPut(t *testing.T, i api.Instr, want []byte) {
 func checkParse(t *testing.T, b []byte, want api.Instr, n int) {
 	t.Helper()
 	got, length, stop := instr.Parse(b)
-	if !equal(got, want) || length != n || stop != (abort.Stop{}) {
+	if !trial.SameInstr(got, want) || length != n || stop != (abort.Stop{}) {
 		t.Errorf("Parse(% x): %x, %d, %v, want %x, %d", brief(b), briefInstr(got), length, stop, briefInstr(want), n)
 	}
 	for _, p := range trial.Places(b) {
 		got, stop := abort.Value(func() api.Instr { return instr.Get(p.S) })
-		if !equal(got, want) || stop != (abort.Stop{}) || p.S.At() != p.At+n || p.S.Left() != len(b)-n {
+		if !trial.SameInstr(got, want) || stop != (abort.Stop{}) || p.S.At() != p.At+n || p.S.Left() != len(b)-n {
 			t.Errorf("Get of % x, %s: %x, %v, At %d, want %x", brief(b), p.What, briefInstr(got), stop, p.S.At(), briefInstr(want))
 		}
 	}
@@ -458,12 +201,12 @@ func checkModel(t *testing.T, b []byte) {
 func checkParseBody(t *testing.T, b []byte, want []api.Instr, n int) {
 	t.Helper()
 	got, length, stop := instr.ParseBody(b)
-	if !slices.EqualFunc(got, want, equal) || length != n || stop != (abort.Stop{}) {
+	if !slices.EqualFunc(got, want, trial.SameInstr) || length != n || stop != (abort.Stop{}) {
 		t.Errorf("ParseBody(% x): %d instructions, %d, %v, want %d and %d", brief(b), len(got), length, stop, len(want), n)
 	}
 	for _, p := range trial.Places(b) {
 		got, stop := abort.Value(func() []api.Instr { return instr.GetBody(p.S) })
-		if !slices.EqualFunc(got, want, equal) || stop != (abort.Stop{}) || p.S.At() != p.At+n || p.S.Left() != len(b)-n {
+		if !slices.EqualFunc(got, want, trial.SameInstr) || stop != (abort.Stop{}) || p.S.At() != p.At+n || p.S.Left() != len(b)-n {
 			t.Errorf("GetBody of % x, %s: %d instructions, %v, At %d", brief(b), p.What, len(got), stop, p.S.At())
 		}
 	}
@@ -544,10 +287,10 @@ func TestEveryOpcode(t *testing.T) {
 			for _, b := range numbers {
 				for _, l := range lists {
 					i := api.Instr{Op: byte(op), A: a, B: b, L: l}
-					e := modelRight(i)
+					e := trial.InstrError(i)
 					checkRight(t, i, e)
 					if e == 0 {
-						want := modelPut(i)
+						want := []byte(trial.InstrBytes(i))
 						checkPut(t, i, want)
 						checkParse(t, append(slices.Clip(want), 0x80), i, len(want))
 					}
@@ -567,7 +310,7 @@ func TestManyLabels(t *testing.T) {
 			for _, a := range []uint64{0, 1 << 32} {
 				for _, b := range []uint64{0, 1} {
 					i := api.Instr{Op: byte(op), A: a, B: b, L: many(n)}
-					checkRight(t, i, modelRight(i))
+					checkRight(t, i, trial.InstrError(i))
 				}
 			}
 		}
@@ -575,7 +318,7 @@ func TestManyLabels(t *testing.T) {
 	checkRight(t, api.Instr{Op: 0x0e, L: many(10000)}, 0)
 	checkRight(t, api.Instr{Op: 0x0e, L: many(10001)}, 29)
 	checkRight(t, api.Instr{Op: 0x0d, L: many(10001)}, 1)
-	checkPut(t, api.Instr{Op: 0x0e, L: many(10000)}, modelPut(api.Instr{Op: 0x0e, L: many(10000)}))
+	checkPut(t, api.Instr{Op: 0x0e, L: many(10000)}, []byte(trial.InstrBytes(api.Instr{Op: 0x0e, L: many(10000)})))
 }
 
 // TestFirstErrorOfRight has several errors in one instruction each.
@@ -707,7 +450,7 @@ func TestEveryFirstByte(t *testing.T) {
 			checkModel(t, append([]byte{byte(op)}, more...))
 		}
 		b := byte(op)
-		switch kinds[op] {
+		switch trial.Immediates[op] {
 		case 'F':
 			checkNoParse(t, []byte{b}, 8, 0)
 			checkNoParse(t, []byte{b, 0, 0, 0}, 8, 0)
@@ -748,7 +491,7 @@ func TestCutOff(t *testing.T) {
 	for op := range 256 {
 		for _, a := range []uint64{0, 0x40, 1<<32 - 1} {
 			for _, b := range []uint64{0, 1<<32 - 1} {
-				if i := (api.Instr{Op: byte(op), A: a, B: b}); modelRight(i) == 0 {
+				if i := (api.Instr{Op: byte(op), A: a, B: b}); trial.InstrError(i) == 0 {
 					list = append(list, i)
 				}
 			}
@@ -845,7 +588,7 @@ func TestBytesOfImmediates(t *testing.T) {
 		for _, op := range []byte{0x02, 0x03, 0x04} {
 			for _, more := range [][]byte{nil, {0}, {0x92}} {
 				input := slices.Concat([]byte{op, b}, more)
-				if e := modelBlock(uint64(x)); e == 0 {
+				if e := trial.BlockError(uint64(x)); e == 0 {
 					checkParse(t, input, api.Instr{Op: op, A: uint64(x)}, 2)
 				} else {
 					checkNoParse(t, input, e, 1)
@@ -1187,7 +930,7 @@ func TestInstructionsAreReadBack(t *testing.T) {
 		}
 		for _, more := range []string{"", "\x00", "\x01", "\x7f", "\x80", "\xff", "\x92", "\x00\x00\x00", "\xff\xff\xff\xff\xff\xff\xff\xff\xff\xff\xff", string(b)} {
 			got, n, stop := instr.Parse(append(slices.Clip(b), more...))
-			if !instr.Same(got, i) || !equal(got, i) || n != len(b) || stop != (abort.Stop{}) {
+			if !instr.Same(got, i) || !trial.SameInstr(got, i) || n != len(b) || stop != (abort.Stop{}) {
 				t.Errorf("%x is read back as %x, %d, %v, with % x behind it", briefInstr(i), briefInstr(got), n, stop, brief([]byte(more)))
 			}
 		}
@@ -1224,7 +967,7 @@ func TestBodiesAreReadBack(t *testing.T) {
 func TestInstructionsBehindEachOther(t *testing.T) {
 	s := scan.Over(encoded(samples))
 	for _, want := range samples {
-		if got := instr.Get(s); !equal(got, want) {
+		if got := instr.Get(s); !trial.SameInstr(got, want) {
 			t.Errorf("Get: %x, want %x", got, want)
 		}
 	}
@@ -1256,7 +999,7 @@ func TestAnyBytes(t *testing.T) {
 		if next(2) == 0 {
 			i.L = many(next(4))
 		}
-		checkRight(t, i, modelRight(i))
+		checkRight(t, i, trial.InstrError(i))
 	}
 }
 
@@ -1293,7 +1036,7 @@ func TestArgumentsStay(t *testing.T) {
 		instr.Shape(list[:n])
 		instr.PutBody(list[:n])
 	}
-	if !slices.Equal(labels, []uint32{1, 2, 3, 4}) || !equal(list[0], i) || list[1].Op != 0x0b || list[2].Op != 0x77 {
+	if !slices.Equal(labels, []uint32{1, 2, 3, 4}) || !trial.SameInstr(list[0], i) || list[1].Op != 0x0b || list[2].Op != 0x77 {
 		t.Errorf("the labels are %d, the list is %x", labels, list)
 	}
 	for _, more := range list[3:8] {
@@ -1308,7 +1051,7 @@ func TestArgumentsAreNotKept(t *testing.T) {
 	b := []byte{0x0e, 2, 5, 6, 7}
 	got, _, _ := instr.Parse(b)
 	clear(b)
-	if !equal(got, api.Instr{Op: 0x0e, A: 7, L: []uint32{5, 6}}) {
+	if !trial.SameInstr(got, api.Instr{Op: 0x0e, A: 7, L: []uint32{5, 6}}) {
 		t.Errorf("Parse: %x", got)
 	}
 	i := api.Instr{Op: 0x0e, A: 7, L: []uint32{5, 6}}
@@ -1323,7 +1066,7 @@ func TestArgumentsAreNotKept(t *testing.T) {
 // TestResultsAreNew spoils results, with all that they have room for, and asks again.
 func TestResultsAreNew(t *testing.T) {
 	for _, i := range samples {
-		want := modelPut(i)
+		want := []byte(trial.InstrBytes(i))
 		for range 3 {
 			b, _ := instr.Put(i)
 			if !bytes.Equal(b, want) {

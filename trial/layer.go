@@ -41,7 +41,7 @@ type Layer[E any] struct {
 	ModelPut   func(x E) string // of an element that may be
 	ModelGet   func(m *Model) E
 
-	Samples func() []Sample[E] // new ones in each call
+	Samples func() []Sample[E] // new ones in each call: 78 at most, so that a list may have each of them 128 times
 	Wrong   func() []Bad[E]
 	Broken  []Broken
 	Any     func(next func(n int) int) E // one that may be, by chance

@@ -17,9 +17,9 @@ type Model struct {
 // NewModel is one that is before some bytes.
 func NewModel(b string) *Model { return &Model{B: b} }
 
-// Fail is an error, if it is the first one.
+// Fail is an error, if it is one, and the first.
 func (m *Model) Fail(why api.Errno, at int) {
-	if !m.Failed() {
+	if !m.Failed() && why != 0 {
 		m.Stop = abort.Stop{Why: why, At: at}
 	}
 }
@@ -47,9 +47,7 @@ func (m *Model) Byte(wrong func(x byte) api.Errno) byte {
 	if s == "" {
 		return 0
 	}
-	if e := wrong(s[0]); e != 0 {
-		m.Fail(e, at)
-	}
+	m.Fail(wrong(s[0]), at)
 	return s[0]
 }
 
@@ -78,31 +76,61 @@ func (m *Model) Index() uint32 { return m.IndexUpTo(0xffffffff, 0) }
 
 // IndexUpTo is a varint of 32 bits that is not above a limit.
 func (m *Model) IndexUpTo(limit uint32, why api.Errno) uint32 {
+	from := m.At
+	v := m.Varint(32, false)
+	if v > uint64(limit) {
+		m.Fail(why, from)
+	}
+	return uint32(v)
+}
+
+// Varint is a number of 32 or 64 bits, which are what it returns: the bits that are too many have to be zeros, or, with a sign, what the last that counts is.
+func (m *Model) Varint(bits int, sign bool) uint64 {
+	from := m.At
+	list := m.groups(bits)
 	if m.Failed() {
 		return 0
 	}
-	v, from := uint64(0), m.At
-	for i := range 5 {
-		if m.At == len(m.B) {
-			m.Fail(2, from)
-			return 0
-		}
-		x := uint64(m.B[m.At])
-		m.At++
-		v += x % 128 << (7 * i)
-		if x >= 128 {
-			continue
-		}
-		if v > 0xffffffff {
+	rest := byte(0) // what the bits that are too many are
+	if sign {
+		rest = list[min(bits, len(list))-1]
+	}
+	for len(list) < bits {
+		list = append(list, rest)
+	}
+	v := uint64(0)
+	for i, bit := range list {
+		if i >= bits && bit != rest {
 			m.Fail(3, from)
 		}
-		if v > uint64(limit) {
-			m.Fail(why, from)
+		if i < bits {
+			v |= uint64(bit) << i
 		}
-		return uint32(v)
 	}
-	m.Fail(3, from)
-	return 0
+	return v
+}
+
+// groups are the bits of a varint, seven of each byte: no more bytes than it takes.
+func (m *Model) groups(bits int) []byte {
+	from := m.At
+	var list []byte
+	for more := true; more && !m.Failed(); {
+		if len(list) >= bits {
+			m.Fail(3, from)
+			break
+		}
+		if m.At == len(m.B) {
+			m.Fail(2, from)
+			break
+		}
+		b := m.B[m.At]
+		m.At++
+		more = b >= 128
+		for i := range 7 {
+			list = append(list, b>>i&1)
+		}
+	}
+	return list
 }
 
 // Count is how many elements of a list follow.
@@ -189,6 +217,15 @@ func Uint[N int | uint32 | uint64](n N) string {
 		return string([]byte{byte(n)})
 	}
 	return string([]byte{byte(n%128 + 128)}) + Uint(n/128)
+}
+
+// Int are the bytes of the shortest varint of a number with a sign: one byte has room for -64 to 63.
+func Int(n int64) string {
+	low := byte(uint64(n) % 128)
+	if -64 <= n && n <= 63 {
+		return string([]byte{low})
+	}
+	return string([]byte{low + 128}) + Int((n-int64(low))/128)
 }
 
 // Sized are the bytes of a string behind their number.
