@@ -58,27 +58,11 @@ func modelTypes(m api.Module) []api.GlobalType {
 	return slices.Concat(modelTaken(m.Imports), own)
 }
 
-// modelValue is what P8.2 says of Value.
-func modelValue(i api.Instr, taken []api.Value) (api.Value, api.Errno) {
-	if e := trial.ConstError(i); e != 0 {
-		return api.Value{}, e
-	}
-	switch {
-	case i.Op == 0x41:
-		return api.Value{T: 0x7f, N: i.A}, 0
-	case i.Op == 0x42:
-		return api.Value{T: 0x7e, N: i.A}, 0
-	case i.A < uint64(len(taken)):
-		return taken[i.A], 0
-	}
-	return api.Value{}, 24
-}
-
 // modelBegin is what P12.2 says of Begin.
 func modelBegin(list []api.Global, taken []api.Value) ([]api.Value, api.Errno) {
 	var values []api.Value
 	for _, g := range list {
-		v, e := modelValue(g.Init, taken)
+		v, e := trial.ConstValue(g.Init, taken)
 		if e == 0 && v.T != g.Type.T {
 			e = 7
 		}
@@ -91,12 +75,6 @@ func modelBegin(list []api.Global, taken []api.Value) ([]api.Value, api.Errno) {
 }
 
 // What the tests are made of.
-
-func i32(n uint64) api.Instr { return api.Instr{Op: 0x41, A: n} }
-
-func i64(n uint64) api.Instr { return api.Instr{Op: 0x42, A: n} }
-
-func get(n uint64) api.Instr { return api.Instr{Op: 0x23, A: n} }
 
 // global is one that does not change.
 func global(t byte, init api.Instr) api.Global {
@@ -190,7 +168,7 @@ func forms() []trial.Sample[api.Global] {
 
 // samples has the chapter's example ahead, and then two of each four forms.
 func samples() []trial.Sample[api.Global] {
-	list := []trial.Sample[api.Global]{{E: mutable(0x7f, i32(5)), B: "\x7f\x01\x41\x05\x0b"}}
+	list := []trial.Sample[api.Global]{{E: mutable(0x7f, trial.I32(5)), B: "\x7f\x01\x41\x05\x0b"}}
 	for at, x := range forms() {
 		if at%8 < 2 || at%8 > 5 {
 			list = append(list, x)
@@ -202,12 +180,12 @@ func samples() []trial.Sample[api.Global] {
 // wrong are globals that may not be, one for each way to be so, and with two errors.
 func wrong() []trial.Bad[api.Global] {
 	list := []trial.Bad[api.Global]{
-		{E: global(0x7d, i32(5)), Why: 8},
-		{E: mutable(0x7c, i64(5)), Why: 8},
-		{E: global(0x70, i32(5)), Why: 7},
-		{E: mutable(0x40, get(0)), Why: 7},
-		{E: global(0, i32(0)), Why: 7},
-		{E: mutable(0xff, i32(0)), Why: 7},
+		{E: global(0x7d, trial.I32(5)), Why: 8},
+		{E: mutable(0x7c, trial.I64(5)), Why: 8},
+		{E: global(0x70, trial.I32(5)), Why: 7},
+		{E: mutable(0x40, trial.Imported(0)), Why: 7},
+		{E: global(0, trial.I32(0)), Why: 7},
+		{E: mutable(0xff, trial.I32(0)), Why: 7},
 		// The type counts ahead of the Init.
 		{E: global(0x7d, api.Instr{Op: 0x6a}), Why: 8},
 		{E: global(0x7c, api.Instr{Op: 0x06}), Why: 8},
@@ -237,7 +215,7 @@ func broken() []trial.Broken {
 func TestEveryType(t *testing.T) {
 	for b := range 256 {
 		want := trial.TypeError(byte(b))
-		for _, init := range []api.Instr{i32(5), i64(math.MaxUint64), get(7)} {
+		for _, init := range []api.Instr{trial.I32(5), trial.I64(math.MaxUint64), trial.Imported(7)} {
 			layer.Judges(t, global(byte(b), init), want)
 			layer.Judges(t, mutable(byte(b), init), want)
 		}
@@ -250,11 +228,11 @@ func TestEveryType(t *testing.T) {
 			layer.Judges(t, mutable(byte(b), bad.E), e)
 		}
 	}
-	layer.Judges(t, global(0x7f, i32(0)), 0)
-	layer.Judges(t, global(0x7e, i64(0)), 0)
-	layer.Judges(t, global(0x7d, i32(0)), 8)
-	layer.Judges(t, global(0x7c, i32(0)), 8)
-	layer.Judges(t, global(0x70, i32(0)), 7)
+	layer.Judges(t, global(0x7f, trial.I32(0)), 0)
+	layer.Judges(t, global(0x7e, trial.I64(0)), 0)
+	layer.Judges(t, global(0x7d, trial.I32(0)), 8)
+	layer.Judges(t, global(0x7c, trial.I32(0)), 8)
+	layer.Judges(t, global(0x70, trial.I32(0)), 7)
 }
 
 // TestEveryInstruction has all opcodes, with as little behind them as may be and with more.
@@ -282,10 +260,10 @@ func TestEveryInstruction(t *testing.T) {
 
 // TestInitsOfOtherTypes: nobody asks here whether the Init has the type of the global.
 func TestInitsOfOtherTypes(t *testing.T) {
-	layer.Writes(t, global(0x7f, i64(5)), "\x7f\x00\x42\x05\x0b")
-	layer.Writes(t, mutable(0x7e, i32(5)), "\x7e\x01\x41\x05\x0b")
-	one.Takes(t, "\x7f\x00\x42\x05\x0b", global(0x7f, i64(5)), 5)
-	one.Takes(t, "\x7e\x01\x41\x05\x0b", mutable(0x7e, i32(5)), 5)
+	layer.Writes(t, global(0x7f, trial.I64(5)), "\x7f\x00\x42\x05\x0b")
+	layer.Writes(t, mutable(0x7e, trial.I32(5)), "\x7e\x01\x41\x05\x0b")
+	one.Takes(t, "\x7f\x00\x42\x05\x0b", global(0x7f, trial.I64(5)), 5)
+	one.Takes(t, "\x7e\x01\x41\x05\x0b", mutable(0x7e, trial.I32(5)), 5)
 }
 
 func TestPut(t *testing.T) { layer.TestPut(t) }
@@ -356,11 +334,11 @@ func TestFirstError(t *testing.T) {
 
 // TestLongerNumbers has numbers with more bytes than they need.
 func TestLongerNumbers(t *testing.T) {
-	one.Takes(t, "\x7f\x00\x23\x85\x00\x0b", global(0x7f, get(5)), 6)
-	one.Takes(t, "\x7f\x00\x23\x85\x80\x80\x80\x00\x0b", global(0x7f, get(5)), 9)
-	one.Takes(t, "\x7f\x01\x41\x85\x80\x80\x80\x00\x0b", mutable(0x7f, i32(5)), 9)
-	one.Takes(t, "\x7f\x01\x41\xff\xff\xff\xff\x7f\x0b", mutable(0x7f, i32(math.MaxUint32)), 9)
-	one.Takes(t, "\x7e\x00\x42\xff\xff\xff\xff\xff\xff\xff\xff\xff\x7f\x0b", global(0x7e, i64(math.MaxUint64)), 14)
+	one.Takes(t, "\x7f\x00\x23\x85\x00\x0b", global(0x7f, trial.Imported(5)), 6)
+	one.Takes(t, "\x7f\x00\x23\x85\x80\x80\x80\x00\x0b", global(0x7f, trial.Imported(5)), 9)
+	one.Takes(t, "\x7f\x01\x41\x85\x80\x80\x80\x00\x0b", mutable(0x7f, trial.I32(5)), 9)
+	one.Takes(t, "\x7f\x01\x41\xff\xff\xff\xff\x7f\x0b", mutable(0x7f, trial.I32(math.MaxUint32)), 9)
+	one.Takes(t, "\x7e\x00\x42\xff\xff\xff\xff\xff\xff\xff\xff\xff\x7f\x0b", global(0x7e, trial.I64(math.MaxUint64)), 14)
 }
 
 // TestEveryByteChanged changes the bytes of globals, one at a time, to every value.
@@ -428,7 +406,7 @@ func importedTypes() []api.GlobalType {
 }
 
 func TestTypes(t *testing.T) {
-	own := []api.Global{mutable(0x7e, i64(5)), global(0x7f, get(0)), global(0x7e, i64(6)), mutable(0x7f, i32(7))}
+	own := []api.Global{mutable(0x7e, trial.I64(5)), global(0x7f, trial.Imported(0)), global(0x7e, trial.I64(6)), mutable(0x7f, trial.I32(7))}
 	types := []api.GlobalType{{T: 0x7e, Mut: true}, {T: 0x7f}, {T: 0x7e}, {T: 0x7f, Mut: true}}
 	all := imported()
 	// None at all.
@@ -439,7 +417,7 @@ func TestTypes(t *testing.T) {
 		Types:   []api.FuncType{{Params: "\x7f"}},
 		Funcs:   []uint32{0},
 		Exports: []api.Export{{Name: "g", Kind: 3}},
-		Codes:   []api.Code{{Body: []api.Instr{get(0), {Op: 0x0b}}}},
+		Codes:   []api.Code{{Body: []api.Instr{trial.Imported(0), {Op: 0x0b}}}},
 	}, nil, nil)
 	// Those of imports alone, its own alone, and both.
 	checkTypes(t, api.Module{Imports: all}, importedTypes(), importedTypes())
@@ -486,7 +464,7 @@ func TestAllShortModules(t *testing.T) {
 			}
 			for at := range byte(3) {
 				checkModule(t, m)
-				m.Globals = append(m.Globals, mutable(9-at, i32(0)))
+				m.Globals = append(m.Globals, mutable(9-at, trial.I32(0)))
 			}
 		})
 	}
@@ -522,15 +500,15 @@ func TestBeginOfNone(t *testing.T) {
 func TestBeginOfConstants(t *testing.T) {
 	for _, taken := range [][]api.Value{nil, values(), {{T: 0x7d}}} {
 		for _, n := range []uint64{0, 1, 5, 1<<31 - 1, 1 << 31, math.MaxUint32} {
-			checkBegin(t, []api.Global{global(0x7f, i32(n))}, taken, []api.Value{{T: 0x7f, N: n}}, 0)
-			checkBegin(t, []api.Global{mutable(0x7f, i32(n))}, taken, []api.Value{{T: 0x7f, N: n}}, 0)
+			checkBegin(t, []api.Global{global(0x7f, trial.I32(n))}, taken, []api.Value{{T: 0x7f, N: n}}, 0)
+			checkBegin(t, []api.Global{mutable(0x7f, trial.I32(n))}, taken, []api.Value{{T: 0x7f, N: n}}, 0)
 		}
 		for _, n := range []uint64{0, 1, 5, 1 << 31, math.MaxUint32, 1 << 32, 1<<63 - 1, 1 << 63, math.MaxUint64} {
-			checkBegin(t, []api.Global{global(0x7e, i64(n))}, taken, []api.Value{{T: 0x7e, N: n}}, 0)
-			checkBegin(t, []api.Global{mutable(0x7e, i64(n))}, taken, []api.Value{{T: 0x7e, N: n}}, 0)
+			checkBegin(t, []api.Global{global(0x7e, trial.I64(n))}, taken, []api.Value{{T: 0x7e, N: n}}, 0)
+			checkBegin(t, []api.Global{mutable(0x7e, trial.I64(n))}, taken, []api.Value{{T: 0x7e, N: n}}, 0)
 		}
 		checkBegin(t,
-			[]api.Global{global(0x7e, i64(9)), mutable(0x7f, i32(8)), global(0x7f, i32(8)), mutable(0x7e, i64(7))}, taken,
+			[]api.Global{global(0x7e, trial.I64(9)), mutable(0x7f, trial.I32(8)), global(0x7f, trial.I32(8)), mutable(0x7e, trial.I64(7))}, taken,
 			[]api.Value{{T: 0x7e, N: 9}, {T: 0x7f, N: 8}, {T: 0x7f, N: 8}, {T: 0x7e, N: 7}}, 0)
 	}
 }
@@ -538,50 +516,50 @@ func TestBeginOfConstants(t *testing.T) {
 // TestBeginOfTakenValues takes the first one, the last one, and ones that are not there.
 func TestBeginOfTakenValues(t *testing.T) {
 	v := values()
-	checkBegin(t, []api.Global{global(0x7f, get(0))}, v, v[:1], 0)
-	checkBegin(t, []api.Global{mutable(0x7e, get(1))}, v, v[1:2], 0)
-	checkBegin(t, []api.Global{mutable(0x7f, get(2))}, v, v[2:3], 0)
-	checkBegin(t, []api.Global{global(0x7e, get(3))}, v, v[3:], 0)
-	checkBegin(t, []api.Global{global(0x7f, get(0))}, v[:1], v[:1], 0)
+	checkBegin(t, []api.Global{global(0x7f, trial.Imported(0))}, v, v[:1], 0)
+	checkBegin(t, []api.Global{mutable(0x7e, trial.Imported(1))}, v, v[1:2], 0)
+	checkBegin(t, []api.Global{mutable(0x7f, trial.Imported(2))}, v, v[2:3], 0)
+	checkBegin(t, []api.Global{global(0x7e, trial.Imported(3))}, v, v[3:], 0)
+	checkBegin(t, []api.Global{global(0x7f, trial.Imported(0))}, v[:1], v[:1], 0)
 	checkBegin(t,
-		[]api.Global{global(0x7e, get(3)), global(0x7f, i32(6)), global(0x7f, get(0)), global(0x7e, get(3)), mutable(0x7f, get(2))}, v,
+		[]api.Global{global(0x7e, trial.Imported(3)), global(0x7f, trial.I32(6)), global(0x7f, trial.Imported(0)), global(0x7e, trial.Imported(3)), mutable(0x7f, trial.Imported(2))}, v,
 		[]api.Value{v[3], {T: 0x7f, N: 6}, v[0], v[3], v[2]}, 0)
 	for _, n := range []uint64{4, 5, 127, 128, 1 << 31, math.MaxUint32} {
-		checkBegin(t, []api.Global{global(0x7f, get(n))}, v, nil, 24)
-		checkBegin(t, []api.Global{global(0x7f, i32(6)), global(0x7e, get(n))}, v, nil, 24)
+		checkBegin(t, []api.Global{global(0x7f, trial.Imported(n))}, v, nil, 24)
+		checkBegin(t, []api.Global{global(0x7f, trial.I32(6)), global(0x7e, trial.Imported(n))}, v, nil, 24)
 	}
 	for _, n := range []uint64{0, 1, math.MaxUint32} {
-		checkBegin(t, []api.Global{global(0x7f, get(n))}, nil, nil, 24)
-		checkBegin(t, []api.Global{global(0x7f, get(n))}, []api.Value{}, nil, 24)
+		checkBegin(t, []api.Global{global(0x7f, trial.Imported(n))}, nil, nil, 24)
+		checkBegin(t, []api.Global{global(0x7f, trial.Imported(n))}, []api.Value{}, nil, 24)
 	}
-	checkBegin(t, []api.Global{global(0x7e, get(3))}, v[:3], nil, 24) // what is behind a list is not there
+	checkBegin(t, []api.Global{global(0x7e, trial.Imported(3))}, v[:3], nil, 24) // what is behind a list is not there
 	// A module's own globals are not among those that are taken, nor are those ahead in the list.
-	checkBegin(t, []api.Global{global(0x7f, i32(6)), global(0x7f, get(0))}, nil, nil, 24)
-	checkBegin(t, []api.Global{global(0x7f, i32(6)), global(0x7f, get(4))}, v, nil, 24)
-	checkBegin(t, []api.Global{global(0x7e, get(1)), global(0x7f, get(0))}, v, []api.Value{v[1], v[0]}, 0)
+	checkBegin(t, []api.Global{global(0x7f, trial.I32(6)), global(0x7f, trial.Imported(0))}, nil, nil, 24)
+	checkBegin(t, []api.Global{global(0x7f, trial.I32(6)), global(0x7f, trial.Imported(4))}, v, nil, 24)
+	checkBegin(t, []api.Global{global(0x7e, trial.Imported(1)), global(0x7f, trial.Imported(0))}, v, []api.Value{v[1], v[0]}, 0)
 }
 
 // TestBeginOfAnotherType has all pairs of types.
 func TestBeginOfAnotherType(t *testing.T) {
-	checkBegin(t, []api.Global{global(0x7f, i64(5))}, nil, nil, 7)
-	checkBegin(t, []api.Global{mutable(0x7e, i32(5))}, nil, nil, 7)
-	checkBegin(t, []api.Global{global(0x7f, get(1))}, values(), nil, 7)
-	checkBegin(t, []api.Global{mutable(0x7e, get(0))}, values(), nil, 7)
+	checkBegin(t, []api.Global{global(0x7f, trial.I64(5))}, nil, nil, 7)
+	checkBegin(t, []api.Global{mutable(0x7e, trial.I32(5))}, nil, nil, 7)
+	checkBegin(t, []api.Global{global(0x7f, trial.Imported(1))}, values(), nil, 7)
+	checkBegin(t, []api.Global{mutable(0x7e, trial.Imported(0))}, values(), nil, 7)
 	for b := range 256 {
 		for c := range 256 {
 			v := []api.Value{{T: 0x7f, N: 1}, {T: byte(c), N: 5}}
 			// A type that is none is held against the other one like any.
 			if b == c {
-				checkBegin(t, []api.Global{global(byte(b), get(1))}, v, v[1:], 0)
+				checkBegin(t, []api.Global{global(byte(b), trial.Imported(1))}, v, v[1:], 0)
 			} else {
-				checkBegin(t, []api.Global{global(byte(b), get(1))}, v, nil, 7)
+				checkBegin(t, []api.Global{global(byte(b), trial.Imported(1))}, v, nil, 7)
 			}
 		}
 		if b != 0x7f {
-			checkBegin(t, []api.Global{global(byte(b), i32(5))}, values(), nil, 7)
+			checkBegin(t, []api.Global{global(byte(b), trial.I32(5))}, values(), nil, 7)
 		}
 		if b != 0x7e {
-			checkBegin(t, []api.Global{global(byte(b), i64(5))}, values(), nil, 7)
+			checkBegin(t, []api.Global{global(byte(b), trial.I64(5))}, values(), nil, 7)
 		}
 	}
 }
@@ -590,14 +568,14 @@ func TestBeginOfAnotherType(t *testing.T) {
 func TestBeginOfValuesAsTheyStand(t *testing.T) {
 	for _, n := range []uint64{1 << 32, 1<<32 + 5, 1 << 63, math.MaxUint64} {
 		v := []api.Value{{T: 0x7f, N: n}}
-		checkBegin(t, []api.Global{global(0x7f, get(0))}, v, v, 0)
+		checkBegin(t, []api.Global{global(0x7f, trial.Imported(0))}, v, v, 0)
 	}
 }
 
 // TestErrorsOfBegin has each error of an expression, for which the type does not count.
 func TestErrorsOfBegin(t *testing.T) {
 	v := values()
-	good := global(0x7f, i32(6))
+	good := global(0x7f, trial.I32(6))
 	for _, x := range trial.WrongConsts() {
 		for b := range 256 {
 			checkBegin(t, []api.Global{mutable(byte(b), x.E)}, v, nil, x.Why)
@@ -610,17 +588,17 @@ func TestErrorsOfBegin(t *testing.T) {
 		checkBegins(t, []api.Global{good, global(0x7f, trial.Plain(byte(op)))}, v)
 	}
 	// There being no such global counts ahead of the type.
-	checkBegin(t, []api.Global{global(0x7d, get(4))}, v, nil, 24)
+	checkBegin(t, []api.Global{global(0x7d, trial.Imported(4))}, v, nil, 24)
 	checkBegin(t, []api.Global{{}}, v, nil, 12)
 }
 
 // TestFirstErrorOfBegin has several errors, each once ahead of each other one.
 func TestFirstErrorOfBegin(t *testing.T) {
-	good := global(0x7f, get(0))
+	good := global(0x7f, trial.Imported(0))
 	bad := []trial.Bad[api.Global]{
-		{E: global(0x7f, i64(5)), Why: 7},
-		{E: global(0x7e, get(0)), Why: 7},
-		{E: global(0x7f, get(4)), Why: 24},
+		{E: global(0x7f, trial.I64(5)), Why: 7},
+		{E: global(0x7e, trial.Imported(0)), Why: 7},
+		{E: global(0x7f, trial.Imported(4)), Why: 24},
 		{E: global(0x7f, api.Instr{Op: 0x6a}), Why: 12},
 		{E: global(0x7f, api.Instr{Op: 0x41, A: 1 << 32}), Why: 1},
 		{E: global(0x7f, api.Instr{Op: 0x43}), Why: 8},
@@ -639,7 +617,7 @@ func TestFirstErrorOfBegin(t *testing.T) {
 // TestBeginOfAllShortLists has all lists of up to three globals, with types and expressions that fit and that do not.
 func TestBeginOfAllShortLists(t *testing.T) {
 	var alphabet []api.Global
-	for _, init := range []api.Instr{i32(5), i64(6), get(0), get(1), get(2), {Op: 0x20}} {
+	for _, init := range []api.Instr{trial.I32(5), trial.I64(6), trial.Imported(0), trial.Imported(1), trial.Imported(2), {Op: 0x20}} {
 		alphabet = append(alphabet, global(0x7f, init), mutable(0x7e, init))
 	}
 	for n := range 4 {
@@ -657,7 +635,7 @@ func TestBeginOfMany(t *testing.T) {
 	want := make([]api.Value, 20000)
 	for at := range list {
 		taken[at] = api.Value{T: 0x7e, N: uint64(at) << 32}
-		list[at] = global(0x7e, get(uint64(19999-at)))
+		list[at] = global(0x7e, trial.Imported(uint64(19999-at)))
 	}
 	for at := range want {
 		want[at] = taken[19999-at]
@@ -719,7 +697,7 @@ func TestAnything(t *testing.T) {
 func TestArguments(t *testing.T) {
 	layer.TestArguments(t)
 	labels := []uint32{1, 2, 3}
-	list := []api.Global{global(0x7f, get(0)), mutable(0x7e, i64(5)), global(0x7f, api.Instr{Op: 0x0e, L: labels[:2]}), mutable(0x7e, get(9))}
+	list := []api.Global{global(0x7f, trial.Imported(0)), mutable(0x7e, trial.I64(5)), global(0x7f, api.Instr{Op: 0x0e, L: labels[:2]}), mutable(0x7e, trial.Imported(9))}
 	whole := slices.Clone(list)
 	imports, taken := imported(), values()
 	for n := range len(list) + 1 {
@@ -742,12 +720,12 @@ func TestArguments(t *testing.T) {
 // TestKept spoils what was handed in: the results stay, and the next ones are those of what it is then.
 func TestKept(t *testing.T) {
 	layer.TestKept(t)
-	m := api.Module{Imports: imported(), Globals: []api.Global{global(0x7e, get(1)), mutable(0x7f, i32(5))}}
+	m := api.Module{Imports: imported(), Globals: []api.Global{global(0x7e, trial.Imported(1)), mutable(0x7f, trial.I32(5))}}
 	v := values()
 	types, some := globals.Types(m), globals.Taken(m)
 	first, _ := globals.Begin(m.Globals, v)
 	trial.Spoil(m.Imports, api.Import{Kind: 3, Global: api.GlobalType{T: 9}})
-	trial.Spoil(m.Globals, global(0x7f, get(1)))
+	trial.Spoil(m.Globals, global(0x7f, trial.Imported(1)))
 	trial.Spoil(v, api.Value{T: 0x7f, N: 3})
 	if !slices.Equal(some, importedTypes()) || !slices.Equal(types, append(importedTypes(), api.GlobalType{T: 0x7e}, api.GlobalType{T: 0x7f, Mut: true})) {
 		t.Errorf("Taken: %+v, Types: %+v", some, types)
@@ -762,7 +740,7 @@ func TestKept(t *testing.T) {
 // TestNew spoils results: neither the arguments nor the results of other calls change.
 func TestNew(t *testing.T) {
 	layer.TestNew(t)
-	m := api.Module{Imports: imported(), Globals: []api.Global{global(0x7e, get(1)), global(0x7f, get(0)), mutable(0x7f, get(2))}}
+	m := api.Module{Imports: imported(), Globals: []api.Global{global(0x7e, trial.Imported(1)), global(0x7f, trial.Imported(0)), mutable(0x7f, trial.Imported(2))}}
 	v := values()
 	for range 2 {
 		checkModule(t, m)
@@ -784,7 +762,7 @@ func TestNew(t *testing.T) {
 // TestCalls has calls with errors in between, also of Begin.
 func TestCalls(t *testing.T) {
 	layer.TestCalls(t)
-	m := api.Module{Imports: imported(), Globals: []api.Global{global(0x7e, get(1))}}
+	m := api.Module{Imports: imported(), Globals: []api.Global{global(0x7e, trial.Imported(1))}}
 	for _, bad := range wrong() {
 		globals.Begin([]api.Global{m.Globals[0], bad.E}, values())
 		globals.Types(api.Module{Globals: []api.Global{bad.E}})

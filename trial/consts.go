@@ -6,6 +6,15 @@ import (
 	"creel/api"
 )
 
+// I32 is the expression of a constant.
+func I32(n uint64) api.Instr { return api.Instr{Op: 0x41, A: n} }
+
+// I64 is likewise.
+func I64(n uint64) api.Instr { return api.Instr{Op: 0x42, A: n} }
+
+// Imported is the expression of an imported global.
+func Imported(n uint64) api.Instr { return api.Instr{Op: 0x23, A: n} }
+
 // ConstError is that of an instruction as a constant expression.
 func ConstError(i api.Instr) api.Errno {
 	if e := InstrError(i); e != 0 {
@@ -32,6 +41,22 @@ func (m *Model) Const() api.Instr {
 	m.Fail(constOp(i.Op), from)
 	m.Byte(Only(0x0b, 12))
 	return i
+}
+
+// ConstValue is what a constant expression comes to by globals' values.
+func ConstValue(i api.Instr, taken []api.Value) (api.Value, api.Errno) {
+	if e := ConstError(i); e != 0 {
+		return api.Value{}, e
+	}
+	switch {
+	case i.Op == 0x41:
+		return api.Value{T: 0x7f, N: i.A}, 0
+	case i.Op == 0x42:
+		return api.Value{T: 0x7e, N: i.A}, 0
+	case i.A < uint64(len(taken)):
+		return taken[i.A], 0
+	}
+	return api.Value{}, 24
 }
 
 // Consts are constant expressions with ordinary numbers and those at the edges.

@@ -1,4 +1,4 @@
-// Package wire reads and writes what several sections of a module have in common: names, kinds, and lists of elements.
+// Package wire reads and writes what several sections of a module have in common: names, kinds, indices, and lists of elements.
 package wire
 
 import (
@@ -20,6 +20,30 @@ func Kind(s *scan.Scanner) byte {
 	k := s.Byte()
 	abort.Unless(k <= api.KindGlobal, api.ErrKind, at)
 	return k
+}
+
+// Nought: a byte that can only be 0. ErrFlag: it is another one.
+func Nought(s *scan.Scanner) {
+	at := s.At()
+	abort.Unless(s.Byte() == 0, api.ErrFlag, at)
+}
+
+// Indices: how many there are, and these.
+func Indices(list []uint32) []byte {
+	b := Size(len(list))
+	for _, n := range list {
+		b = append(b, leb.Uint(uint64(n))...)
+	}
+	return b
+}
+
+// GetIndices: those that come next, behind their number.
+func GetIndices(s *scan.Scanner) []uint32 {
+	var list []uint32
+	for range s.Count() {
+		list = append(list, s.Index())
+	}
+	return list
 }
 
 // GetAll: a list, of which one reads an element, and its end. The first error.

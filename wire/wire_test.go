@@ -1,6 +1,7 @@
 package wire_test
 
 import (
+	"slices"
 	"strings"
 	"testing"
 
@@ -49,6 +50,96 @@ func TestKind(t *testing.T) {
 			kind.Refuses(t, s+s, 43, 0)
 		}
 		kind.Agrees(t, s)
+	}
+}
+
+func TestNought(t *testing.T) {
+	nought := trial.Reader[int]{
+		Name:  "Nought",
+		Read:  func(s *scan.Scanner) int { wire.Nought(s); return s.At() },
+		Model: func(m *trial.Model) int { m.Byte(trial.Only(0, 10)); return m.At },
+		Same:  func(a, b int) bool { return a == b || b == 0 },
+		Tell:  func(n int) any { return n },
+	}
+	nought.Refuses(t, "", 2, 0)
+	for b := range 256 {
+		s := string([]byte{byte(b)})
+		if b == 0 {
+			nought.Takes(t, s+s, 0, 1)
+		} else {
+			nought.Refuses(t, s+s, 10, 0)
+		}
+	}
+}
+
+// indices reads them behind their number.
+var indices = trial.Reader[[]uint32]{
+	Name: "GetIndices",
+	Read: wire.GetIndices,
+	Model: func(m *trial.Model) []uint32 {
+		var list []uint32
+		for n := m.Count(); n > 0 && !m.Failed(); n-- {
+			list = append(list, m.Index())
+		}
+		return list
+	},
+	Same: slices.Equal[[]uint32],
+	Tell: func(list []uint32) any { return list[:min(len(list), 9)] },
+}
+
+func TestIndices(t *testing.T) {
+	most := make([]uint32, 10001)
+	for _, x := range []struct {
+		list []uint32
+		b    string
+		last int // where the last number begins
+	}{
+		{nil, "\x00", 0},
+		{[]uint32{}, "\x00", 0},
+		{[]uint32{0}, "\x01\x00", 1},
+		{[]uint32{127, 128, 1<<32 - 1, 1 << 31}, "\x04\x7f\x80\x01\xff\xff\xff\xff\x0f\x80\x80\x80\x80\x08", 9},
+		{most[:127], "\x7f" + strings.Repeat("\x00", 127), 127},
+		{most[:128], "\x80\x01" + strings.Repeat("\x00", 128), 129},
+		{most[:10000], "\x90\x4e" + strings.Repeat("\x00", 10000), 10001},
+	} {
+		if got := wire.Indices(x.list); string(got) != x.b {
+			t.Errorf("Indices of %d: % x, want % x", len(x.list), trial.Short(got), trial.Short(x.b))
+		}
+		indices.Takes(t, x.b+"\x05", x.list, len(x.b))
+		indices.Refuses(t, x.b[:len(x.b)-1], 2, x.last)
+	}
+	// How many there may be is asked by those who write them.
+	if got := wire.Indices(most); len(got) != 10003 || string(got[:3]) != "\x91\x4e\x00" {
+		t.Errorf("Indices of 10001: % x", trial.Short(got))
+	}
+}
+
+func TestBrokenIndices(t *testing.T) {
+	indices.Refuses(t, "\x91\x4e", 29, 0)
+	indices.Refuses(t, "\x91\x4e"+strings.Repeat("\x00", 10001), 29, 0)
+	indices.Refuses(t, "\xff\xff\xff\xff\x0f", 29, 0)
+	for _, x := range trial.BrokenNumbers("", "\x01", "\x02\x05", "\x90\x4e\x80\x01") {
+		indices.Refuses(t, x.B+"\x00", x.Why, x.At)
+	}
+	for n := range 6 {
+		trial.Words([]byte{0, 1, 2, 0x7f, 0x80, 0xff}, n, func(w []byte) { indices.Agrees(t, string(w)) })
+	}
+}
+
+// TestIndicesAreNew spoils what was written, and what was read, with the room behind it.
+func TestIndicesAreNew(t *testing.T) {
+	list := []uint32{1, 2, 3}
+	first, second := wire.Indices(list[:2]), wire.Indices(list[:2])
+	trial.Spoil(first, 0xee)
+	trial.Spoil(wire.Indices(nil), 0xee)
+	if string(second) != "\x02\x01\x02" || string(wire.Indices(nil)) != "\x00" || !slices.Equal(list, []uint32{1, 2, 3}) {
+		t.Errorf("% x, %d", second, list)
+	}
+	s := scan.Over([]byte("\x02\x01\x02\x03\x04\x05\x06"))
+	one, two := wire.GetIndices(s), wire.GetIndices(s)
+	trial.Spoil(one, 99)
+	if !slices.Equal(two, []uint32{4, 5, 6}) {
+		t.Errorf("%d", two)
 	}
 }
 
