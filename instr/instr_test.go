@@ -13,33 +13,7 @@ import (
 	"creel/trial"
 )
 
-// What the models of package trial leave out is written here: bodies and their shape, from the chapter, with numbers of its own.
-
-// body reads the instructions up to the end of what is open, and of the blocks inside each by calling itself: whether an else may come is known where it comes.
-func body(m *trial.Model, list []api.Instr, elses int) []api.Instr {
-	for !m.Failed() {
-		start := m.At
-		i := m.Instr()
-		if len(list) == 20000 {
-			m.Fail(29, start)
-		}
-		if i.Op == 0x05 && elses == 0 {
-			m.Fail(30, start)
-		}
-		list = append(list, i)
-		switch i.Op {
-		case 0x02, 0x03:
-			list = body(m, list, 0)
-		case 0x04:
-			list = body(m, list, 1)
-		case 0x05:
-			elses = 0
-		case 0x0b:
-			return list
-		}
-	}
-	return list
-}
+// The models are those of package trial, which are written from the chapter with numbers of their own.
 
 // readInstr and readBody are what the model reads at the beginning of bytes: nothing, if there is an error.
 func readInstr(b []byte) (api.Instr, int, abort.Stop) {
@@ -53,45 +27,11 @@ func readInstr(b []byte) (api.Instr, int, abort.Stop) {
 
 func readBody(b []byte) ([]api.Instr, int, abort.Stop) {
 	m := trial.NewModel(string(b))
-	list := body(m, nil, 0)
+	list := m.Body()
 	if m.Failed() {
 		return nil, 0, m.Stop
 	}
 	return list, m.At, abort.Stop{}
-}
-
-// modelShape goes through a list with a text for each block that is open: a question mark, if an else may come in it.
-func modelShape(list []api.Instr) api.Errno {
-	if len(list) >= 20001 {
-		return 29
-	}
-	var open []string
-	inner := ""
-	for at, i := range list {
-		switch i.Op {
-		case 0x02, 0x03, 0x04:
-			open = append(open, inner)
-			inner = ""
-			if i.Op == 0x04 {
-				inner = "?"
-			}
-		case 0x05:
-			if inner != "?" {
-				return 30
-			}
-			inner = ""
-		case 0x0b:
-			if len(open) == 0 {
-				if at != len(list)-1 {
-					return 30
-				}
-				return 0
-			}
-			inner = open[len(open)-1]
-			open = open[:len(open)-1]
-		}
-	}
-	return 30
 }
 
 func isZero(i api.Instr) bool { return i.Op == 0 && i.A == 0 && i.B == 0 && len(i.L) == 0 }
@@ -106,26 +46,10 @@ func many(n int) []uint32 {
 }
 
 // ops are instructions of these opcodes, whose blocks give nothing.
-func ops(list string) []api.Instr {
-	var body []api.Instr
-	for _, op := range []byte(list) {
-		i := api.Instr{Op: op}
-		if trial.Immediates[op] == 'b' {
-			i.A = 0x40
-		}
-		body = append(body, i)
-	}
-	return body
-}
+func ops(list string) []api.Instr { return trial.Plains(list) }
 
 // encoded are the bytes of instructions, whether they are a body or not.
-func encoded(list []api.Instr) []byte {
-	var b []byte
-	for _, i := range list {
-		b = append(b, trial.InstrBytes(i)...)
-	}
-	return b
-}
+func encoded(list []api.Instr) []byte { return []byte(trial.BodyBytes(list)) }
 
 // brief keeps messages about long things readable.
 func brief[T any](list []T) []T { return list[:min(len(list), 12)] }
@@ -201,12 +125,12 @@ func checkModel(t *testing.T, b []byte) {
 func checkParseBody(t *testing.T, b []byte, want []api.Instr, n int) {
 	t.Helper()
 	got, length, stop := instr.ParseBody(b)
-	if !slices.EqualFunc(got, want, trial.SameInstr) || length != n || stop != (abort.Stop{}) {
+	if !trial.SameBody(got, want) || length != n || stop != (abort.Stop{}) {
 		t.Errorf("ParseBody(% x): %d instructions, %d, %v, want %d and %d", brief(b), len(got), length, stop, len(want), n)
 	}
 	for _, p := range trial.Places(b) {
 		got, stop := abort.Value(func() []api.Instr { return instr.GetBody(p.S) })
-		if !slices.EqualFunc(got, want, trial.SameInstr) || stop != (abort.Stop{}) || p.S.At() != p.At+n || p.S.Left() != len(b)-n {
+		if !trial.SameBody(got, want) || stop != (abort.Stop{}) || p.S.At() != p.At+n || p.S.Left() != len(b)-n {
 			t.Errorf("GetBody of % x, %s: %d instructions, %v, At %d", brief(b), p.What, len(got), stop, p.S.At())
 		}
 	}
@@ -653,12 +577,12 @@ func TestAsTheModel(t *testing.T) {
 
 // Opcodes of which bodies are made.
 const (
-	nop   = "\x01"
-	block = "\x02"
-	loop  = "\x03"
-	cond  = "\x04"
-	other = "\x05"
-	end   = "\x0b"
+	nop   = trial.Nop
+	block = trial.Block
+	loop  = trial.Loop
+	cond  = trial.If
+	other = trial.Else
+	end   = trial.End
 )
 
 func TestShape(t *testing.T) {
@@ -780,12 +704,12 @@ func TestAllShapes(t *testing.T) {
 	alphabet := ops(nop + block + loop + cond + other + end)
 	for n := range 7 {
 		trial.Words(alphabet, n, func(list []api.Instr) {
-			checkShape(t, list, modelShape(list))
+			checkShape(t, list, trial.ShapeError(list))
 			checkBodyModel(t, encoded(list))
 		})
 	}
 	trial.Words(ops(block+cond+other+end), 8, func(list []api.Instr) {
-		checkShape(t, list, modelShape(list))
+		checkShape(t, list, trial.ShapeError(list))
 		checkBodyModel(t, encoded(list))
 	})
 }
@@ -831,7 +755,7 @@ func TestLongBodies(t *testing.T) {
 	checkBodyModel(t, encoded(ifs))
 	for _, n := range []int{19998, 19999, 20000, 20001} {
 		for _, list := range [][]api.Instr{plain(n), deep(n), wide(n)} {
-			checkShape(t, list, modelShape(list))
+			checkShape(t, list, trial.ShapeError(list))
 			checkBodyModel(t, encoded(list))
 		}
 	}

@@ -38,7 +38,8 @@ type Layer[E any] struct {
 
 	// The model is written from the chapter, and asks no layer.
 	ModelRight func(x E) api.Errno
-	ModelPut   func(x E) string // of an element that may be
+	ModelLate  func(x E) api.Errno // of an element that may be by Right, but not by Put; nil: there are none
+	ModelPut   func(x E) string    // of an element that may be
 	ModelGet   func(m *Model) E
 
 	Samples func() []Sample[E] // new ones in each call: 78 at most, so that a list may have each of them 128 times
@@ -75,11 +76,31 @@ func (l Layer[E]) All() Reader[[]E] {
 // same tells whether lists are.
 func (l Layer[E]) same(a, b []E) bool { return slices.EqualFunc(a, b, l.Same) }
 
-// Judges checks the error of an element, and that Put has it, too, and no bytes beside it.
+// late is the error that Put has and Right does not.
+func (l Layer[E]) late(x E) api.Errno {
+	if l.ModelLate == nil || l.ModelRight(x) != 0 {
+		return 0
+	}
+	return l.ModelLate(x)
+}
+
+// modelError is that of Put.
+func (l Layer[E]) modelError(x E) api.Errno {
+	if e := l.ModelRight(x); e != 0 {
+		return e
+	}
+	return l.late(x)
+}
+
+// Judges checks the error of Put, that it has no bytes beside it, and that Right has it, too, if it is not one that comes late.
 func (l Layer[E]) Judges(t T, x E, want api.Errno) {
 	t.Helper()
-	if got := l.Right(x); got != want {
-		t.Errorf("Right(%+v): %d, want %d", l.Tell(x), got, want)
+	right := want
+	if l.late(x) != 0 {
+		right = 0
+	}
+	if got := l.Right(x); got != right {
+		t.Errorf("Right(%+v): %d, want %d", l.Tell(x), got, right)
 	}
 	b, e := l.Put(x)
 	if e != want {
@@ -102,7 +123,7 @@ func (l Layer[E]) Writes(t T, x E, want string) {
 // AgreesOn checks that an element has the error, or the bytes, that the model says.
 func (l Layer[E]) AgreesOn(t T, x E) {
 	t.Helper()
-	if e := l.ModelRight(x); e != 0 {
+	if e := l.modelError(x); e != 0 {
 		l.Judges(t, x, e)
 	} else {
 		l.Writes(t, x, l.ModelPut(x))
@@ -133,7 +154,7 @@ func (l Layer[E]) modelPutAll(list []E) (string, api.Errno) {
 	var s strings.Builder
 	s.WriteString(Uint(len(list)))
 	for _, x := range list {
-		if e := l.ModelRight(x); e != 0 {
+		if e := l.modelError(x); e != 0 {
 			return "", e
 		}
 		s.WriteString(l.ModelPut(x))

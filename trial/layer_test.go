@@ -253,6 +253,42 @@ func TestLayerThatIsWrong(t *testing.T) {
 	}
 }
 
+// lateNames is a layer that is right, of which Right asks only how long a name is.
+func lateNames() trial.Layer[string] {
+	l := names()
+	l.Right = func(s string) api.Errno {
+		if len(s) > 200 {
+			return 13
+		}
+		return 0
+	}
+	l.ModelRight = l.Right
+	l.ModelLate = trial.NameError
+	return l
+}
+
+// TestLateErrors: where Put has errors that Right does not ask for, they are found missing, and found where Right asks for them.
+func TestLateErrors(t *testing.T) {
+	if n := faults(lateNames()); n != 0 {
+		t.Errorf("%d errors", n)
+	}
+	early := lateNames()
+	early.Right = trial.NameError
+	if faults(early) == 0 {
+		t.Errorf("Right asks for all errors: no test finds it")
+	}
+	never := lateNames()
+	never.Put = func(s string) ([]byte, api.Errno) {
+		if e := never.Right(s); e != 0 {
+			return nil, e
+		}
+		return []byte(trial.Sized(s)), 0
+	}
+	if faults(never) == 0 {
+		t.Errorf("Put asks for no more than Right: no test finds it")
+	}
+}
+
 // TestBroken: what is broken is so, whatever follows, and where it is said to be.
 func TestBroken(t *testing.T) {
 	for _, lead := range []string{"", "\x01a"} {

@@ -136,6 +136,21 @@ func (m *Model) groups(bits int) []byte {
 // Count is how many elements of a list follow.
 func (m *Model) Count() int { return int(m.IndexUpTo(10000, 29)) }
 
+// Part is a number of bytes, and what is read in these, which ends where they end.
+func (m *Model) Part(read func(part *Model)) {
+	n := m.Index()
+	if int64(n) > int64(len(m.B)-m.At) {
+		m.Fail(2, m.At)
+	}
+	if m.Failed() {
+		return
+	}
+	part := &Model{B: m.B[:m.At+int(n)], At: m.At}
+	read(part)
+	m.At += int(n)
+	m.Stop = part.Stop
+}
+
 // Name is a length and so many bytes of UTF-8.
 func (m *Model) Name() string {
 	n := m.IndexUpTo(200, 13)

@@ -1,4 +1,4 @@
-// Package wire reads and writes what several sections of a module have in common: names, kinds, indices, and lists of elements.
+// Package wire reads and writes what several sections of a module have in common: names, kinds, indices, parts of so many bytes, and lists of elements.
 package wire
 
 import (
@@ -13,6 +13,18 @@ func Size(n int) []byte { return leb.Uint(uint64(n)) }
 
 // Name: how many bytes it has, and these.
 func Name(s string) []byte { return append(Size(len(s)), s...) }
+
+// Sized: how many bytes there are, and these.
+func Sized(b []byte) []byte { return append(Size(len(b)), b...) }
+
+// Part: how many bytes follow, and a scanner over these, whose places begin with 0; and the place where they begin. ErrShort: they are not all there.
+func Part(s *scan.Scanner) (*scan.Scanner, int) {
+	n := s.Index()
+	from := s.At()
+	// Sub asks the same, but of an int, which may be too small for n.
+	abort.Unless(uint64(n) <= uint64(s.Left()), api.ErrShort, from)
+	return s.Sub(int(n)), from
+}
 
 // Kind: that of an import or an export, which comes next. ErrKind: there is no such one.
 func Kind(s *scan.Scanner) byte {

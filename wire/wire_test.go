@@ -33,6 +33,58 @@ func TestName(t *testing.T) {
 	}
 }
 
+func TestSized(t *testing.T) {
+	room := []byte(strings.Repeat("n", 200))
+	for _, n := range []int{0, 1, 127, 128, 199} {
+		first, second := wire.Sized(room[:n]), wire.Sized(room[:n])
+		trial.Spoil(first, 0xee)
+		if want := trial.Sized(string(room[:n])); string(second) != want {
+			t.Errorf("Sized of %d: % x, want % x", n, trial.Short(second), trial.Short(want))
+		}
+	}
+	if string(wire.Sized(nil)) != "\x00" || string(room) != strings.Repeat("n", 200) {
+		t.Errorf("Sized of none: % x, and the bytes are %q", wire.Sized(nil), room)
+	}
+}
+
+// part reads all that there is in one, and looks at where it begins.
+var part = trial.Reader[string]{
+	Name: "Part",
+	Read: func(s *scan.Scanner) string {
+		part, from := wire.Part(s)
+		abort.Unless(part.At() == 0 && from+part.Left() == s.At(), api.ErrArg, from)
+		return string(part.Bytes(part.Left()))
+	},
+	Model: func(m *trial.Model) (all string) {
+		m.Part(func(part *trial.Model) { all = part.Bytes(len(part.B) - part.At) })
+		return all
+	},
+	Same: func(a, b string) bool { return a == b },
+	Tell: func(s string) any { return trial.Short(s) },
+}
+
+func TestPart(t *testing.T) {
+	part.Takes(t, "\x00", "", 1)
+	part.Takes(t, "\x00ab", "", 1)
+	part.Takes(t, "\x02abc", "ab", 3)
+	part.Takes(t, "\x82\x80\x80\x80\x00ab", "ab", 7)
+	part.Takes(t, "\x80\x01"+strings.Repeat("n", 129), strings.Repeat("n", 128), 130)
+	part.Takes(t, "\xac\x02"+strings.Repeat("n", 301), strings.Repeat("n", 300), 302)
+	part.Takes(t, "\x80\x80\x04"+strings.Repeat("n", 65537), strings.Repeat("n", 65536), 65539)
+	part.Refuses(t, "", 2, 0)
+	part.Refuses(t, "\x80", 2, 0)
+	part.Refuses(t, "\x03ab", 2, 1)
+	part.Refuses(t, "\x83\x00ab", 2, 2)
+	part.Refuses(t, "\x80\x80\x80\x80\x08ab", 2, 5)
+	part.Refuses(t, "\xff\xff\xff\xff\x0fab", 2, 5)
+	for _, x := range trial.BrokenNumbers("") {
+		part.Refuses(t, x.B+"ab", x.Why, x.At)
+	}
+	for n := range 6 {
+		trial.Words([]byte{0, 1, 2, 0x7f, 0x80, 0xff}, n, func(w []byte) { part.Agrees(t, string(w)) })
+	}
+}
+
 func TestKind(t *testing.T) {
 	kind := trial.Reader[byte]{
 		Name:  "Kind",
