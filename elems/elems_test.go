@@ -79,22 +79,22 @@ func told(list []api.Elem) []any {
 
 // placer puts functions into segments, from 100 on, and looks for them in their slots.
 func placer(t *testing.T) trial.Placer {
-	return func(list []trial.Segment, taken []api.Value, size uint32, starts []uint32, e api.Errno) {
+	return func(list []trial.Segment, taken []api.Value, size uint64, starts []uint32, e api.Errno) {
 		t.Helper()
 		f := uint32(100)
-		segments := make([]api.Elem, len(list))
+		some := make([]api.Elem, len(list))
 		var want []elems.Slot
 		for at, x := range list {
-			segments[at].Offset = x.Offset
+			some[at].Offset = x.Offset
 			for n := range x.N {
-				segments[at].Funcs = append(segments[at].Funcs, f)
+				some[at].Funcs = append(some[at].Funcs, f)
 				if e == 0 {
 					want = append(want, elems.Slot{At: starts[at] + uint32(n), Func: f})
 				}
 				f++
 			}
 		}
-		checkSlots(t, segments, taken, size, want, e)
+		checkSlots(t, some, taken, uint32(size), want, e)
 	}
 }
 
@@ -118,6 +118,9 @@ var layer = trial.Layer[api.Elem]{
 	Same:    same,
 	Tell:    func(x api.Elem) any { return tell(x) },
 }
+
+// segments is that of which one is made of an Offset and so many functions.
+var segments = trial.Segments[api.Elem]{Layer: layer, With: filled, Most: 10000, Many: 29}
 
 // one reads a segment.
 var one = layer.One()
@@ -213,48 +216,10 @@ func broken() []trial.Broken {
 // P13.1
 
 // TestNumberOfFunctions has none, one, 10000 and one more, with each form of Offset that may be and with others.
-func TestNumberOfFunctions(t *testing.T) {
-	for _, n := range []int{0, 1, 2, 127, 128, 9999, 10000, 10001, 20000} {
-		for _, x := range trial.Consts() {
-			if n <= 10000 {
-				layer.Judges(t, filled(x.E, n), 0)
-			} else {
-				layer.Judges(t, filled(x.E, n), 29)
-			}
-		}
-		for _, x := range trial.WrongConsts() {
-			if n <= 10000 {
-				layer.Judges(t, filled(x.E, n), x.Why)
-			} else {
-				layer.Judges(t, filled(x.E, n), 29)
-			}
-		}
-	}
-}
+func TestNumberOfFunctions(t *testing.T) { segments.TestNumbers(t) }
 
 // TestEveryInstruction has all opcodes, with as little behind them as may be and with more.
-func TestEveryInstruction(t *testing.T) {
-	for op := range 256 {
-		i := trial.Plain(byte(op))
-		layer.AgreesOn(t, elem(i))
-		layer.AgreesOn(t, elem(i, 1, 2))
-		layer.AgreesOn(t, filled(i, 10000))
-		layer.AgreesOn(t, filled(i, 10001))
-		i.A = 1
-		layer.AgreesOn(t, elem(i, 1))
-		i.B = 1
-		layer.AgreesOn(t, elem(i, 1))
-		i.B, i.L = 0, []uint32{0}
-		layer.AgreesOn(t, elem(i, 1))
-	}
-	layer.Judges(t, elem(api.Instr{Op: 0x23}, 1), 0)
-	layer.Judges(t, elem(api.Instr{Op: 0x41}, 1), 0)
-	layer.Judges(t, elem(api.Instr{Op: 0x42}, 1), 0) // nobody asks here for its type
-	layer.Judges(t, elem(api.Instr{Op: 0x24}, 1), 12)
-	layer.Judges(t, elem(api.Instr{Op: 0x0b}, 1), 12)
-	layer.Judges(t, elem(api.Instr{Op: 0x43}, 1), 8)
-	layer.Judges(t, elem(api.Instr{Op: 0x25}, 1), 9)
-}
+func TestEveryInstruction(t *testing.T) { segments.TestOpcodes(t) }
 
 func TestPut(t *testing.T) { layer.TestPut(t) }
 
@@ -296,18 +261,7 @@ func TestGetInTurn(t *testing.T) { layer.TestGetInTurn(t) }
 
 func TestBroken(t *testing.T) { layer.TestBroken(t) }
 
-// TestFlags has every first byte.
-func TestFlags(t *testing.T) {
-	for b := range 256 {
-		s := string([]byte{byte(b)}) + "\x41\x05\x0b\x02\x01\x02"
-		if b == 0 {
-			one.Takes(t, s, elem(trial.I32(5), 1, 2), 7)
-		} else {
-			one.Refuses(t, s, 10, 0)
-			one.Refuses(t, s[:1], 10, 0)
-		}
-	}
-}
+func TestFlags(t *testing.T) { segments.TestFlags(t) }
 
 // TestCutOff cuts segments of each form off at every place: the error is at the part that is not whole.
 func TestCutOff(t *testing.T) {

@@ -63,10 +63,10 @@ func TestHeadIsNew(t *testing.T) {
 
 // placer checks one segment after the other, up to the first error.
 func placer(t *testing.T) trial.Placer {
-	return func(list []trial.Segment, taken []api.Value, size uint32, starts []uint32, e api.Errno) {
+	return func(list []trial.Segment, taken []api.Value, size uint64, starts []uint32, e api.Errno) {
 		t.Helper()
 		for at, x := range list {
-			got, why := segment.Place(x.Offset, taken, x.N, uint64(size))
+			got, why := segment.Place(x.Offset, taken, x.N, size)
 			if why != 0 {
 				if got != 0 || why != e {
 					t.Errorf("Place(%x %x, %x, %d, %d): %d, %d, want %d", x.Offset.Op, x.Offset.A, taken, x.N, size, got, why, e)
@@ -87,6 +87,7 @@ func TestPlace(t *testing.T) {
 	placer(t).TestNone()
 	placer(t).TestEdges()
 	placer(t).TestSums()
+	placer(t).TestLargeSizes()
 	placer(t).TestTaken()
 	placer(t).TestTypes()
 	placer(t).TestErrors()
@@ -94,17 +95,12 @@ func TestPlace(t *testing.T) {
 	placer(t).TestAnySegments()
 }
 
-// TestPlaceInMuch has sizes that have more than 32 bits, and sums that have more than 64.
-func TestPlaceInMuch(t *testing.T) {
-	const most = math.MaxUint32
-	for _, size := range []uint64{1 << 32, 1<<32 + 1, 1 << 33, math.MaxUint64} {
-		checkPlace(t, trial.I32(most), nil, 0, size, most, 0)
-		checkPlace(t, trial.I32(most), nil, 1, size, most, 0)
+// TestPlaceOfLargeSums has sums that have more than 64 bits, and many things in sizes that have more than 32.
+func TestPlaceOfLargeSums(t *testing.T) {
+	for _, size := range []uint64{1 << 32, 1 << 33, math.MaxUint64} {
 		checkPlace(t, trial.I32(0), nil, 1<<22, size, 0, 0)
+		checkPlace(t, trial.I32(5), nil, math.MaxInt32, size, 5, 0)
 	}
-	checkPlace(t, trial.I32(most), nil, 2, 1<<32, 0, 45)
-	checkPlace(t, trial.I32(most), nil, 2, 1<<32+1, most, 0)
-	checkPlace(t, trial.I32(most), nil, 3, 1<<32+1, 0, 45)
 	for n := range 4 {
 		taken := []api.Value{{T: 0x7f, N: math.MaxUint64 - uint64(n)}}
 		checkPlace(t, trial.Imported(0), taken, n+1, math.MaxUint64, 0, 45)

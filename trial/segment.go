@@ -22,6 +22,71 @@ func BrokenHeads() []Broken {
 	return slices.Concat(BrokenBytes(Only(0, 10), ""), BrokenConsts("\x00"))
 }
 
+// Segments is a layer of segments, of which one is made of an offset and so many things.
+type Segments[E any] struct {
+	Layer Layer[E]
+	With  func(offset api.Instr, n int) E
+	Most  int       // so many things there may be
+	Many  api.Errno // there are more
+}
+
+// TestNumbers has nothing, one thing, as many as there may be and more, with each form of offset that may be and with others. That there are too many counts first.
+func (s Segments[E]) TestNumbers(t T) {
+	t.Helper()
+	for _, n := range []int{0, 1, 2, 127, 128, s.Most - 1, s.Most, s.Most + 1, 2 * s.Most} {
+		judge := func(offset api.Instr, e api.Errno) {
+			t.Helper()
+			if n > s.Most {
+				e = s.Many
+			}
+			s.Layer.Judges(t, s.With(offset, n), e)
+		}
+		for _, x := range Consts() {
+			judge(x.E, 0)
+		}
+		for _, x := range WrongConsts() {
+			judge(x.E, x.Why)
+		}
+	}
+}
+
+// TestOpcodes has all opcodes for the offset, with as little behind them as may be and with more.
+func (s Segments[E]) TestOpcodes(t T) {
+	t.Helper()
+	for op := range 256 {
+		i := Plain(byte(op))
+		for _, n := range []int{0, 1, 2, s.Most, s.Most + 1} {
+			s.Layer.AgreesOn(t, s.With(i, n))
+		}
+		for _, x := range []api.Instr{{Op: i.Op, A: 1}, {Op: i.Op, A: i.A, B: 1}, {Op: i.Op, A: i.A, L: []uint32{0}}} {
+			s.Layer.AgreesOn(t, s.With(x, 1))
+		}
+	}
+	s.Layer.Judges(t, s.With(api.Instr{Op: 0x23}, 1), 0)
+	s.Layer.Judges(t, s.With(api.Instr{Op: 0x41}, 1), 0)
+	s.Layer.Judges(t, s.With(api.Instr{Op: 0x42}, 1), 0) // nobody asks there for its type
+	s.Layer.Judges(t, s.With(api.Instr{Op: 0x24}, 1), 12)
+	s.Layer.Judges(t, s.With(api.Instr{Op: 0x0b}, 1), 12)
+	s.Layer.Judges(t, s.With(api.Instr{Op: 0x43}, 1), 8)
+	s.Layer.Judges(t, s.With(api.Instr{Op: 0x25}, 1), 9)
+}
+
+// TestFlags has every first byte, with the rest of a segment and without.
+func (s Segments[E]) TestFlags(t T) {
+	t.Helper()
+	good := s.Layer.Samples()[0]
+	for b := range 256 {
+		x := string([]byte{byte(b)}) + good.B[1:]
+		if b == 0 {
+			s.Layer.One().Takes(t, x, good.E, len(x))
+			s.Layer.One().Refuses(t, x[:1], 2, 1)
+			continue
+		}
+		s.Layer.One().Refuses(t, x, 10, 0)
+		s.Layer.One().Refuses(t, x[:1], 10, 0)
+	}
+}
+
 // Segment is so many things from an offset on.
 type Segment struct {
 	Offset api.Instr
@@ -29,7 +94,7 @@ type Segment struct {
 }
 
 // Starts are where segments begin, or the first error: what the chapters of both kinds of segments say.
-func Starts(list []Segment, taken []api.Value, size uint32) ([]uint32, api.Errno) {
+func Starts(list []Segment, taken []api.Value, size uint64) ([]uint32, api.Errno) {
 	var starts []uint32
 	for _, x := range list {
 		v, e := ConstValue(x.Offset, taken)
@@ -38,7 +103,7 @@ func Starts(list []Segment, taken []api.Value, size uint32) ([]uint32, api.Errno
 			return nil, e
 		case v.T != 0x7f:
 			return nil, 7
-		case beyond(v.N, x.N, uint64(size)):
+		case beyond(v.N, x.N, size):
 			return nil, 45
 		}
 		starts = append(starts, uint32(v.N))
@@ -56,10 +121,10 @@ func beyond(first uint64, n int, size uint64) bool {
 }
 
 // Placer checks where segments begin in something of such a size, or the error and that nothing goes anywhere.
-type Placer func(list []Segment, taken []api.Value, size uint32, starts []uint32, e api.Errno)
+type Placer func(list []Segment, taken []api.Value, size uint64, starts []uint32, e api.Errno)
 
 // Agrees checks that it is what the model says.
-func (p Placer) Agrees(list []Segment, taken []api.Value, size uint32) {
+func (p Placer) Agrees(list []Segment, taken []api.Value, size uint64) {
 	starts, e := Starts(list, taken, size)
 	p(list, taken, size, starts, e)
 }
@@ -70,15 +135,15 @@ func fixed(start uint64, n int) Segment { return Segment{I32(start), n} }
 // TestNone has no segments, and segments of nothing.
 func (p Placer) TestNone() {
 	for _, taken := range [][]api.Value{nil, {}, {{T: 0x7e, N: 5}}} {
-		for _, size := range []uint32{0, 1, 1 << 31, math.MaxUint32} {
+		for _, size := range []uint64{0, 1, 1 << 31, math.MaxUint32} {
 			p(nil, taken, size, nil, 0)
 			p([]Segment{}, taken, size, nil, 0)
 			p([]Segment{fixed(0, 0)}, taken, size, []uint32{0}, 0)
 			p([]Segment{fixed(0, 0), fixed(0, 0)}, taken, size, []uint32{0, 0}, 0)
-			p([]Segment{fixed(uint64(size), 0)}, taken, size, []uint32{size}, 0)
+			p([]Segment{fixed(size, 0)}, taken, size, []uint32{uint32(size)}, 0)
 			if size < math.MaxUint32 {
-				p([]Segment{fixed(uint64(size)+1, 0)}, taken, size, nil, 45)
-				p([]Segment{fixed(0, 0), fixed(uint64(size)+1, 0)}, taken, size, nil, 45)
+				p([]Segment{fixed(size+1, 0)}, taken, size, nil, 45)
+				p([]Segment{fixed(0, 0), fixed(size+1, 0)}, taken, size, nil, 45)
 			}
 		}
 	}
@@ -86,23 +151,23 @@ func (p Placer) TestNone() {
 
 // TestEdges has segments at the beginning, at the end, and beyond it.
 func (p Placer) TestEdges() {
-	for _, size := range []uint32{1, 2, 3, 10, 128, 10001, 1 << 20, 1 << 31, math.MaxUint32} {
+	for _, size := range []uint64{1, 2, 3, 10, 128, 10001, 1 << 20, 1 << 31, math.MaxUint32} {
 		for _, n := range []int{1, 2, 3, 9, 10, 11, 128, 10000, 10001} {
-			if uint64(n) > uint64(size) {
+			if uint64(n) > size {
 				p([]Segment{fixed(0, n)}, nil, size, nil, 45)
-				p([]Segment{fixed(uint64(size), n)}, nil, size, nil, 45)
+				p([]Segment{fixed(size, n)}, nil, size, nil, 45)
 				continue
 			}
-			end := size - uint32(n)
+			end := size - uint64(n)
 			p([]Segment{fixed(0, n)}, nil, size, []uint32{0}, 0)
-			p([]Segment{fixed(uint64(end), n)}, nil, size, []uint32{end}, 0)
-			p([]Segment{fixed(uint64(end), n), fixed(0, n)}, nil, size, []uint32{end, 0}, 0)
-			p([]Segment{fixed(uint64(end)+1, n)}, nil, size, nil, 45)
-			p([]Segment{fixed(uint64(size), n)}, nil, size, nil, 45)
+			p([]Segment{fixed(end, n)}, nil, size, []uint32{uint32(end)}, 0)
+			p([]Segment{fixed(end, n), fixed(0, n)}, nil, size, []uint32{uint32(end), 0}, 0)
+			p([]Segment{fixed(end+1, n)}, nil, size, nil, 45)
+			p([]Segment{fixed(size, n)}, nil, size, nil, 45)
 			p([]Segment{fixed(math.MaxUint32, n)}, nil, size, nil, 45)
-			p([]Segment{fixed(0, n), fixed(uint64(end)+1, n), fixed(0, n)}, nil, size, nil, 45)
+			p([]Segment{fixed(0, n), fixed(end+1, n), fixed(0, n)}, nil, size, nil, 45)
 		}
-		p([]Segment{fixed(uint64(size), 1)}, nil, size, nil, 45)
+		p([]Segment{fixed(size, 1)}, nil, size, nil, 45)
 	}
 	for _, start := range []uint64{0, 1, 1 << 31, math.MaxUint32} {
 		p([]Segment{fixed(start, 1)}, nil, 0, nil, 45)
@@ -122,13 +187,38 @@ func (p Placer) TestSums() {
 	p([]Segment{fixed(most-1, 2)}, nil, most, nil, 45)
 	p([]Segment{fixed(most-9999, 10000)}, nil, most, nil, 45)
 	p([]Segment{fixed(most-10000, 10000)}, nil, most, []uint32{most - 10000}, 0)
-	for _, size := range []uint32{0, 1, 5, 9, 10, 10000, 1 << 20, 1 << 31} {
+	for _, size := range []uint64{0, 1, 5, 9, 10, 10000, 1 << 20, 1 << 31} {
 		for _, n := range []int{1, 2, 5, 6, 10, 10000} {
 			p([]Segment{fixed(most, n)}, nil, size, nil, 45)
 			p([]Segment{fixed(most-4, n)}, nil, size, nil, 45)
 			p([]Segment{fixed(1<<32-uint64(n), n)}, nil, size, nil, 45)
 		}
 	}
+}
+
+// TestLargeSizes has sizes that have more than 32 bits: what begins at the last index of 32 bits may go on behind it. What has indices of 32 bits only has no such sizes.
+func (p Placer) TestLargeSizes() {
+	const most = math.MaxUint32
+	taken := []api.Value{{T: 0x7f, N: most}, {T: 0x7e, N: 0}}
+	for _, offset := range []api.Instr{I32(most), Imported(0)} {
+		for _, size := range []uint64{1 << 32, 1<<32 + 1, 1<<32 + 9, 1 << 33, 1 << 63, math.MaxUint64} {
+			p([]Segment{{offset, 0}}, taken, size, []uint32{most}, 0)
+			p([]Segment{{offset, 1}}, taken, size, []uint32{most}, 0)
+			p([]Segment{fixed(0, 10000), {offset, 1}, fixed(0, 0)}, taken, size, []uint32{0, most, 0}, 0)
+			p([]Segment{{I64(0), 0}}, taken, size, nil, 7)
+			p([]Segment{{offset, 1}, {Imported(1), 0}}, taken, size, nil, 7)
+			p([]Segment{{offset, 1}, {Imported(2), 0}}, taken, size, nil, 24)
+		}
+		p([]Segment{{offset, 1}}, taken, most, nil, 45)
+		p([]Segment{{offset, 2}}, taken, 1<<32, nil, 45)
+		p([]Segment{{offset, 2}}, taken, 1<<32+1, []uint32{most}, 0)
+		p([]Segment{{offset, 3}}, taken, 1<<32+1, nil, 45)
+		p([]Segment{{offset, 10000}}, taken, 1<<32+9998, nil, 45)
+		p([]Segment{{offset, 10000}}, taken, 1<<32+9999, []uint32{most}, 0)
+		p([]Segment{{offset, 10000}}, taken, math.MaxUint64, []uint32{most}, 0)
+	}
+	p([]Segment{fixed(1<<32-10000, 10000)}, nil, 1<<32, []uint32{1<<32 - 10000}, 0)
+	p([]Segment{fixed(1<<32-9999, 10000)}, nil, 1<<32, nil, 45)
 }
 
 // TestTaken has offsets that get the value of an imported global: of the first one, of the last one, and of one that is not there.
@@ -167,7 +257,7 @@ func (p Placer) TestTypes() {
 			p(two, taken, 5, []uint32{0, 5, 0}, 0)
 			continue
 		}
-		for _, size := range []uint32{0, 1, 6, 7, math.MaxUint32} {
+		for _, size := range []uint64{0, 1, 6, 7, math.MaxUint32} {
 			p(one, taken, size, nil, 7)
 		}
 		p(two, taken, 7, nil, 7)
@@ -219,7 +309,7 @@ func (p Placer) TestShortLists() {
 	}
 	for n := range 4 {
 		Words(alphabet, n, func(list []Segment) {
-			for size := range uint32(5) {
+			for size := range uint64(5) {
 				p.Agrees(list, taken, size)
 			}
 			p.Agrees(list, taken[:1], 3)
@@ -250,6 +340,6 @@ func (p Placer) TestAnySegments() {
 				list[k].Offset.Op = byte(next(256))
 			}
 		}
-		p.Agrees(list, taken, uint32(next(30)))
+		p.Agrees(list, taken, uint64(next(30)))
 	}
 }

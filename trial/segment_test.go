@@ -3,10 +3,12 @@ package trial_test
 import (
 	"math"
 	"slices"
+	"strings"
 	"testing"
 
 	"creel/abort"
 	"creel/api"
+	"creel/scan"
 	"creel/trial"
 )
 
@@ -62,7 +64,7 @@ func TestStarts(t *testing.T) {
 	taken := []api.Value{{T: 0x7f, N: 3}, {T: 0x7e, N: 4}, {T: 0x7f, N: math.MaxUint64}}
 	for n, x := range []struct {
 		list []trial.Segment
-		size uint32
+		size uint64
 		want []uint32
 		e    api.Errno
 	}{
@@ -78,6 +80,8 @@ func TestStarts(t *testing.T) {
 		{[]trial.Segment{{Offset: trial.Imported(1)}}, 5, nil, 7},
 		{[]trial.Segment{{Offset: trial.I64(9)}, {Offset: trial.Imported(3)}}, 5, nil, 7},
 		{[]trial.Segment{{Offset: trial.Imported(3)}, {Offset: trial.I64(9)}}, 5, nil, 24},
+		{[]trial.Segment{{Offset: trial.I32(math.MaxUint32), N: 2}}, 1 << 32, nil, 45},
+		{[]trial.Segment{{Offset: trial.I32(math.MaxUint32), N: 2}}, 1<<32 + 1, []uint32{math.MaxUint32}, 0},
 	} {
 		if got, e := trial.Starts(x.list, taken, x.size); !slices.Equal(got, x.want) || e != x.e {
 			t.Errorf("%d: %d, %d, want %d, %d", n, got, e, x.want, x.e)
@@ -86,12 +90,12 @@ func TestStarts(t *testing.T) {
 }
 
 // finder tells where segments begin, or the error.
-type finder func(list []trial.Segment, taken []api.Value, size uint32) ([]uint32, api.Errno)
+type finder func(list []trial.Segment, taken []api.Value, size uint64) ([]uint32, api.Errno)
 
 // misplaced counts the errors that the tests of a placer find.
 func misplaced(find finder) int {
 	found := 0
-	p := trial.Placer(func(list []trial.Segment, taken []api.Value, size uint32, starts []uint32, e api.Errno) {
+	p := trial.Placer(func(list []trial.Segment, taken []api.Value, size uint64, starts []uint32, e api.Errno) {
 		if got, why := find(list, taken, size); !slices.Equal(got, starts) || why != e {
 			found++
 		}
@@ -99,6 +103,7 @@ func misplaced(find finder) int {
 	p.TestNone()
 	p.TestEdges()
 	p.TestSums()
+	p.TestLargeSizes()
 	p.TestTaken()
 	p.TestTypes()
 	p.TestErrors()
@@ -109,12 +114,12 @@ func misplaced(find finder) int {
 
 // inTurn finds one segment after the other, up to the first error.
 func inTurn(one func(v api.Value, n, size uint64) api.Errno) finder {
-	return func(list []trial.Segment, taken []api.Value, size uint32) ([]uint32, api.Errno) {
+	return func(list []trial.Segment, taken []api.Value, size uint64) ([]uint32, api.Errno) {
 		var starts []uint32
 		for _, x := range list {
 			v, e := trial.ConstValue(x.Offset, taken)
 			if e == 0 {
-				e = one(v, uint64(x.N), uint64(size))
+				e = one(v, uint64(x.N), size)
 			}
 			if e != 0 {
 				return nil, e
@@ -156,6 +161,12 @@ func TestPlacer(t *testing.T) {
 		"sums of 32 bits": {inTurn(func(v api.Value, n, size uint64) api.Errno {
 			return firstOf(i32(v), unless(uint64(uint32(v.N+n)) <= size, 45))
 		}), true},
+		"sizes of 32 bits": {inTurn(func(v api.Value, n, size uint64) api.Errno {
+			return firstOf(i32(v), unless(v.N+n <= uint64(uint32(size)), 45))
+		}), true},
+		"nothing behind 32 bits": {inTurn(func(v api.Value, n, size uint64) api.Errno {
+			return firstOf(i32(v), unless(v.N+n <= min(size, 1<<32), 45))
+		}), true},
 		"one too many": {inTurn(func(v api.Value, n, size uint64) api.Errno {
 			return firstOf(i32(v), unless(v.N+n <= size+1, 45))
 		}), true},
@@ -177,7 +188,7 @@ func TestPlacer(t *testing.T) {
 		"i64 as well": {inTurn(func(v api.Value, n, size uint64) api.Errno {
 			return firstOf(unless(v.T == 0x7f || v.T == 0x7e, 7), unless(v.N+n <= size, 45))
 		}), true},
-		"starts beside an error": {func(list []trial.Segment, taken []api.Value, size uint32) ([]uint32, api.Errno) {
+		"starts beside an error": {func(list []trial.Segment, taken []api.Value, size uint64) ([]uint32, api.Errno) {
 			for n := range list {
 				if _, e := trial.Starts(list[:n+1], taken, size); e != 0 {
 					starts, _ := trial.Starts(list[:n], taken, size)
@@ -186,7 +197,7 @@ func TestPlacer(t *testing.T) {
 			}
 			return trial.Starts(list, taken, size)
 		}, true},
-		"the last error": {func(list []trial.Segment, taken []api.Value, size uint32) ([]uint32, api.Errno) {
+		"the last error": {func(list []trial.Segment, taken []api.Value, size uint64) ([]uint32, api.Errno) {
 			for n := range list {
 				if _, e := trial.Starts(list[len(list)-1-n:][:1], taken, size); e != 0 {
 					return nil, e
@@ -194,7 +205,7 @@ func TestPlacer(t *testing.T) {
 			}
 			return trial.Starts(list, taken, size)
 		}, true},
-		"another order": {func(list []trial.Segment, taken []api.Value, size uint32) ([]uint32, api.Errno) {
+		"another order": {func(list []trial.Segment, taken []api.Value, size uint64) ([]uint32, api.Errno) {
 			starts, e := trial.Starts(list, taken, size)
 			slices.Sort(starts)
 			return starts, e
@@ -203,5 +214,119 @@ func TestPlacer(t *testing.T) {
 		if n := misplaced(x.find); (n > 0) != x.finds {
 			t.Errorf("%s: %d errors", what, n)
 		}
+	}
+}
+
+// dots is a layer of segments with up to three dots each, which is right.
+func dots() trial.Segments[trial.Segment] {
+	return trial.Segments[trial.Segment]{
+		Layer: trial.Layer[trial.Segment]{
+			Right: dotsError,
+			Put: func(x trial.Segment) ([]byte, api.Errno) {
+				if e := dotsError(x); e != 0 {
+					return nil, e
+				}
+				return []byte(dotsBytes(x)), 0
+			},
+			Get: func(s *scan.Scanner) trial.Segment {
+				m := trial.NewModel(string(s.Bytes(s.Left())))
+				x := getDots(m)
+				abort.Unless(!m.Failed(), m.Stop.Why, s.At()-len(m.B)+m.Stop.At)
+				return x
+			},
+			ModelRight: dotsError,
+			ModelPut:   dotsBytes,
+			ModelGet:   getDots,
+			Samples: func() []trial.Sample[trial.Segment] {
+				return []trial.Sample[trial.Segment]{{E: trial.Segment{Offset: trial.I32(5), N: 2}, B: "\x00\x41\x05\x0b.."}}
+			},
+			Same: func(a, b trial.Segment) bool { return trial.SameInstr(a.Offset, b.Offset) && a.N == b.N },
+			Tell: func(x trial.Segment) any { return x.N },
+		},
+		With: func(offset api.Instr, n int) trial.Segment { return trial.Segment{Offset: offset, N: n} },
+		Most: 3,
+		Many: 13,
+	}
+}
+
+func dotsError(x trial.Segment) api.Errno {
+	if x.N > 3 {
+		return 13
+	}
+	return trial.ConstError(x.Offset)
+}
+
+func dotsBytes(x trial.Segment) string {
+	return trial.HeadBytes(x.Offset) + strings.Repeat(".", x.N)
+}
+
+// getDots takes all that there is behind the beginning for dots.
+func getDots(m *trial.Model) trial.Segment {
+	x := trial.Segment{Offset: m.Head()}
+	if !m.Failed() {
+		x.N = len(m.Bytes(len(m.B) - m.At))
+	}
+	return x
+}
+
+// dotFaults counts the errors that the tests of a layer of segments find.
+func dotFaults(s trial.Segments[trial.Segment]) int {
+	var found errors
+	s.TestNumbers(&found)
+	s.TestOpcodes(&found)
+	s.TestFlags(&found)
+	return int(found)
+}
+
+// TestSegments has a layer that is right, and spoils one thing at a time.
+func TestSegments(t *testing.T) {
+	type layer = trial.Layer[trial.Segment]
+	for what, spoil := range map[string]func(l *layer){
+		"no limit": func(l *layer) {
+			l.Right = func(x trial.Segment) api.Errno { return trial.ConstError(x.Offset) }
+		},
+		"a lower limit": func(l *layer) {
+			l.Right = func(x trial.Segment) api.Errno { x.N++; return dotsError(x) }
+		},
+		"the offset counts first": func(l *layer) {
+			l.Right = func(x trial.Segment) api.Errno { return firstOf(trial.ConstError(x.Offset), dotsError(x)) }
+		},
+		"no segments of nothing": func(l *layer) {
+			l.Right = func(x trial.Segment) api.Errno { return firstOf(dotsError(x), unless(x.N > 0, 12)) }
+		},
+		"no i64": func(l *layer) {
+			l.Right = func(x trial.Segment) api.Errno { return firstOf(dotsError(x), unless(x.Offset.Op != 0x42, 7)) }
+		},
+		"any instruction": func(l *layer) {
+			l.Right = func(x trial.Segment) api.Errno { return unless(x.N <= 3, 13) }
+		},
+		"labels": func(l *layer) {
+			l.Right = func(x trial.Segment) api.Errno { x.Offset.L = nil; return dotsError(x) }
+		},
+		"bytes beside an error": func(l *layer) {
+			l.Put = func(x trial.Segment) ([]byte, api.Errno) { return []byte(trial.HeadBytes(trial.I32(5))), dotsError(x) }
+		},
+		"another beginning": func(l *layer) {
+			l.Get = func(s *scan.Scanner) trial.Segment {
+				s.Byte()
+				return trial.Segment{Offset: trial.I32(5), N: len(s.Bytes(s.Left())) - 3}
+			}
+		},
+		"the rest counts first": func(l *layer) {
+			get := l.Get
+			l.Get = func(s *scan.Scanner) trial.Segment {
+				abort.Unless(s.Left() > 1, 2, s.At()+1)
+				return get(s)
+			}
+		},
+	} {
+		s := dots()
+		spoil(&s.Layer)
+		if dotFaults(s) == 0 {
+			t.Errorf("%s: no test finds it", what)
+		}
+	}
+	if n := dotFaults(dots()); n != 0 {
+		t.Errorf("%d errors", n)
 	}
 }

@@ -12,10 +12,10 @@ import (
 func Size(n int) []byte { return leb.Uint(uint64(n)) }
 
 // Name: how many bytes it has, and these.
-func Name(s string) []byte { return append(Size(len(s)), s...) }
+func Name(s string) []byte { return Sized(s) }
 
 // Sized: how many bytes there are, and these.
-func Sized(b []byte) []byte { return append(Size(len(b)), b...) }
+func Sized[B []byte | string](b B) []byte { return append(Size(len(b)), b...) }
 
 // Part: how many bytes follow, and a scanner over these, whose places begin with 0; and the place where they begin. ErrShort: they are not all there.
 func Part(s *scan.Scanner) (*scan.Scanner, int) {

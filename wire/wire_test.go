@@ -36,14 +36,17 @@ func TestName(t *testing.T) {
 func TestSized(t *testing.T) {
 	room := []byte(strings.Repeat("n", 200))
 	for _, n := range []int{0, 1, 127, 128, 199} {
-		first, second := wire.Sized(room[:n]), wire.Sized(room[:n])
-		trial.Spoil(first, 0xee)
-		if want := trial.Sized(string(room[:n])); string(second) != want {
-			t.Errorf("Sized of %d: % x, want % x", n, trial.Short(second), trial.Short(want))
+		want := trial.Sized(string(room[:n]))
+		trial.Spoil(wire.Sized(room[:n]), 0xee)
+		if got := wire.Sized(room[:n]); string(got) != want {
+			t.Errorf("Sized of %d: % x, want % x", n, trial.Short(got), trial.Short(want))
+		}
+		if got := wire.Sized(string(room[:n])); string(got) != want {
+			t.Errorf("Sized of a string of %d: % x, want % x", n, trial.Short(got), trial.Short(want))
 		}
 	}
-	if string(wire.Sized(nil)) != "\x00" || string(room) != strings.Repeat("n", 200) {
-		t.Errorf("Sized of none: % x, and the bytes are %q", wire.Sized(nil), room)
+	if none := wire.Sized[[]byte](nil); string(none) != "\x00" || string(room) != strings.Repeat("n", 200) {
+		t.Errorf("Sized of none: % x, and the bytes are %q", none, room)
 	}
 }
 
