@@ -26,6 +26,16 @@ func Part(s *scan.Scanner) (*scan.Scanner, int) {
 	return s.Sub(int(n)), from
 }
 
+// Whole: a part of so many bytes, which read reads to its end; what that aborts for is told by places in the whole. ErrEnd: read leaves some of them.
+func Whole(s *scan.Scanner, read func(part *scan.Scanner)) {
+	part, from := Part(s)
+	// The part counts from its own beginning.
+	abort.Within(from, func() {
+		read(part)
+		part.End()
+	})
+}
+
 // Kind: that of an import or an export, which comes next. ErrKind: there is no such one.
 func Kind(s *scan.Scanner) byte {
 	at := s.At()
@@ -40,31 +50,37 @@ func Nought(s *scan.Scanner) {
 	abort.Unless(s.Byte() == 0, api.ErrFlag, at)
 }
 
-// Indices: how many there are, and these.
-func Indices(list []uint32) []byte {
+// Index: a number of 32 bits.
+func Index(n uint32) []byte { return leb.Uint(uint64(n)) }
+
+// Items: how many there are, and the bytes of each.
+func Items[E any](list []E, one func(x E) []byte) []byte {
 	b := Size(len(list))
-	for _, n := range list {
-		b = append(b, leb.Uint(uint64(n))...)
+	for _, x := range list {
+		b = append(b, one(x)...)
 	}
 	return b
 }
 
-// GetIndices: those that come next, behind their number.
-func GetIndices(s *scan.Scanner) []uint32 {
-	var list []uint32
-	for range s.Count() {
-		list = append(list, s.Index())
-	}
-	return list
-}
-
-// GetAll: a list, of which one reads an element, and its end. The first error.
-func GetAll[E any](s *scan.Scanner, one func(s *scan.Scanner) E) []E {
+// GetItems: those that come next, behind their number; one reads each.
+func GetItems[E any](s *scan.Scanner, one func(s *scan.Scanner) E) []E {
 	var list []E
 	// Room for all of them is not taken ahead: a few bytes could ask for a lot.
 	for range s.Count() {
 		list = append(list, one(s))
 	}
+	return list
+}
+
+// Indices: how many there are, and these.
+func Indices(list []uint32) []byte { return Items(list, Index) }
+
+// GetIndices: those that come next, behind their number.
+func GetIndices(s *scan.Scanner) []uint32 { return GetItems(s, (*scan.Scanner).Index) }
+
+// GetAll: a list, of which one reads an element, and its end. The first error.
+func GetAll[E any](s *scan.Scanner, one func(s *scan.Scanner) E) []E {
+	list := GetItems(s, one)
 	s.End()
 	return list
 }

@@ -88,6 +88,58 @@ func TestPart(t *testing.T) {
 	}
 }
 
+// whole reads a name, which has to be all that there is in one.
+var whole = trial.Reader[string]{
+	Name: "Whole",
+	Read: func(s *scan.Scanner) (name string) {
+		wire.Whole(s, func(part *scan.Scanner) { name = part.Name() })
+		return name
+	},
+	Model: func(m *trial.Model) (name string) {
+		m.Part(func(part *trial.Model) {
+			name = part.Name()
+			part.End()
+		})
+		return name
+	},
+	Same: func(a, b string) bool { return a == b },
+	Tell: func(s string) any { return trial.Short(s) },
+}
+
+func TestWhole(t *testing.T) {
+	long := strings.Repeat("n", 200)
+	whole.Takes(t, "\x01\x00", "", 2)
+	whole.Takes(t, "\x03\x02abc", "ab", 4)
+	whole.Takes(t, "\x83\x00\x02abc", "ab", 5)
+	whole.Takes(t, "\xca\x01\xc8\x01"+long+"\x00", long, 204)
+	whole.Refuses(t, "", 2, 0)
+	whole.Refuses(t, "\x00\x00", 2, 1)
+	whole.Refuses(t, "\x01\x02ab", 2, 2)
+	whole.Refuses(t, "\x02\x02ab", 2, 2)
+	whole.Refuses(t, "\x82\x00\x02ab", 2, 3)
+	whole.Refuses(t, "\x04\x02ab", 2, 1)
+	whole.Refuses(t, "\x04\x02abc", 14, 4)
+	whole.Refuses(t, "\x03\x02a\xff", 4, 2)
+	whole.Refuses(t, "\xcb\x01\xc9\x01n"+long, 13, 2)
+	for _, x := range trial.BrokenNames("\x80\x04") { // 512 bytes
+		whole.Refuses(t, x.B+strings.Repeat("n", 512), x.Why, x.At)
+	}
+	for n := range 6 {
+		trial.Words([]byte{0, 1, 2, 0x7f, 0x80, 0xff}, n, func(w []byte) { whole.Agrees(t, string(w)) })
+	}
+}
+
+// TestWholeIsReadOnce: read is called once, and not at all where the part is not there.
+func TestWholeIsReadOnce(t *testing.T) {
+	for b, want := range map[string]int{"\x00": 1, "\x00\x00": 1, "\x01\x05": 1, "": 0, "\x80": 0, "\x01": 0, "\xff\xff\xff\xff\x1f": 0} {
+		read := 0
+		abort.Out(func() { wire.Whole(scan.Over([]byte(b)), func(*scan.Scanner) { read++ }) })
+		if read != want {
+			t.Errorf("Whole of % x: read %d times, want %d", b, read, want)
+		}
+	}
+}
+
 func TestKind(t *testing.T) {
 	kind := trial.Reader[byte]{
 		Name:  "Kind",
@@ -124,6 +176,64 @@ func TestNought(t *testing.T) {
 		} else {
 			nought.Refuses(t, s+s, 10, 0)
 		}
+	}
+}
+
+func TestIndex(t *testing.T) {
+	for n, want := range map[uint32]string{0: "\x00", 127: "\x7f", 128: "\x80\x01", 1 << 31: "\x80\x80\x80\x80\x08", 1<<32 - 1: "\xff\xff\xff\xff\x0f"} {
+		if got := wire.Index(n); string(got) != want {
+			t.Errorf("Index(%d): % x, want % x", n, got, want)
+		}
+	}
+}
+
+// items reads names behind their number.
+var items = trial.Reader[[]string]{
+	Name: "GetItems",
+	Read: func(s *scan.Scanner) []string { return wire.GetItems(s, (*scan.Scanner).Name) },
+	Model: func(m *trial.Model) []string {
+		var list []string
+		for n := m.Count(); n > 0 && !m.Failed(); n-- {
+			list = append(list, m.Name())
+		}
+		return list
+	},
+	Same: slices.Equal[[]string],
+	Tell: func(list []string) any { return list[:min(len(list), 9)] },
+}
+
+func TestItems(t *testing.T) {
+	most := make([]string, 10001)
+	for _, x := range []struct {
+		list []string
+		b    string
+	}{
+		{nil, "\x00"},
+		{[]string{}, "\x00"},
+		{[]string{""}, "\x01\x00"},
+		{[]string{"bc", "", "a"}, "\x03\x02bc\x00\x01a"},
+		{most[:127], "\x7f" + strings.Repeat("\x00", 127)},
+		{most[:128], "\x80\x01" + strings.Repeat("\x00", 128)},
+		{most[:10000], "\x90\x4e" + strings.Repeat("\x00", 10000)},
+	} {
+		if got := wire.Items(x.list, wire.Name); string(got) != x.b {
+			t.Errorf("Items of %d: % x, want % x", len(x.list), trial.Short(got), trial.Short(x.b))
+		}
+		items.Takes(t, x.b+"\x05", x.list, len(x.b))
+	}
+	// How many there may be is asked by those who write them.
+	if got := wire.Items(most, wire.Name); len(got) != 10003 || string(got[:3]) != "\x91\x4e\x00" {
+		t.Errorf("Items of 10001: % x", trial.Short(got))
+	}
+}
+
+func TestBrokenItems(t *testing.T) {
+	items.Refuses(t, "\x91\x4e"+strings.Repeat("\x00", 10001), 29, 0)
+	for _, x := range trial.BrokenNames("\x01", "\x02\x01a", "\x90\x4e\x00\x00") {
+		items.Refuses(t, x.B+"\x00", x.Why, x.At)
+	}
+	for n := range 6 {
+		trial.Words([]byte{0, 1, 2, 0x7f, 0x80, 0xff}, n, func(w []byte) { items.Agrees(t, string(w)) })
 	}
 }
 
