@@ -13,23 +13,11 @@ import (
 	"creel/trial"
 )
 
-// The model is written from the chapters with numbers of its own, and asks no layer.
-
-// modelCount is P14.1's first sentence. No list here is so long that the sum is above what it holds.
-func modelCount(list []api.Local) (int, api.Errno) {
-	sum := uint64(0)
-	for _, x := range list {
-		sum += uint64(x.N)
-	}
-	if sum >= 1001 {
-		return 0, 23
-	}
-	return int(sum), 0
-}
+// The model is written from the chapters with numbers of its own, and asks no layer; most of it stands in package trial.
 
 // modelTypes is P14.1's second sentence.
 func modelTypes(t api.FuncType, list []api.Local) (string, api.Errno) {
-	if _, e := modelCount(list); e != 0 {
+	if _, e := trial.CountLocals(list); e != 0 {
 		return "", e
 	}
 	s := t.Params
@@ -39,63 +27,6 @@ func modelTypes(t api.FuncType, list []api.Local) (string, api.Errno) {
 		}
 	}
 	return s, 0
-}
-
-// modelRight is P14.1's last sentence.
-func modelRight(c api.Code) api.Errno {
-	if len(c.Locals) >= 10001 {
-		return 29
-	}
-	if _, e := modelCount(c.Locals); e != 0 {
-		return e
-	}
-	for _, x := range c.Locals {
-		if e := trial.TypeError(x.T); e != 0 {
-			return e
-		}
-	}
-	return trial.ShapeError(c.Body)
-}
-
-// modelLate is what P14.2 has beside it: the first error of an instruction.
-func modelLate(c api.Code) api.Errno {
-	for _, i := range c.Body {
-		if e := trial.InstrError(i); e != 0 {
-			return e
-		}
-	}
-	return 0
-}
-
-// modelPut is P14.2's first sentence, of a body that may be.
-func modelPut(c api.Code) string {
-	return trial.Sized(groupBytes(c.Locals) + trial.BodyBytes(c.Body))
-}
-
-func groupBytes(list []api.Local) string {
-	var s strings.Builder
-	s.WriteString(trial.Uint(len(list)))
-	for _, x := range list {
-		s.WriteString(trial.Uint(x.N) + string([]byte{x.T}))
-	}
-	return s.String()
-}
-
-// modelGet is P14.2's second and third sentence, which means nothing behind an error.
-func modelGet(m *trial.Model) (c api.Code) {
-	m.Part(func(part *trial.Model) {
-		from := part.At
-		for n := part.Count(); n > 0 && !part.Failed(); n-- {
-			x := api.Local{N: part.Index()}
-			x.T = part.Byte(trial.TypeError)
-			c.Locals = append(c.Locals, x)
-		}
-		_, e := modelCount(c.Locals)
-		part.Fail(e, from)
-		c.Body = part.Body()
-		part.End()
-	})
-	return c
 }
 
 // What the tests are made of.
@@ -177,27 +108,22 @@ var layer = trial.Layer[api.Code]{
 	GetAll: bodies.GetAll,
 	PutAll: bodies.PutAll,
 
-	ModelRight: modelRight,
-	ModelLate:  modelLate,
-	ModelPut:   modelPut,
-	ModelGet:   modelGet,
+	ModelRight: trial.CodeError,
+	ModelLate:  trial.LateError,
+	ModelPut:   trial.CodeBytes,
+	ModelGet:   (*trial.Model).Code,
 
 	Samples: samples,
 	Wrong:   wrong,
 	Broken:  broken(),
 	Any:     anyCode,
 	Other:   api.Code{Locals: []api.Local{{N: 7, T: 7}}, Body: []api.Instr{{Op: 0x77, A: 7, B: 7}}},
-	Same:    same,
+	Same:    trial.SameCode,
 	Tell:    func(c api.Code) any { return tell(c) },
 }
 
 // one and all read a body, and a list of them.
 var one, all = layer.One(), layer.All()
-
-// same takes a nil list and an empty one for the same.
-func same(a, b api.Code) bool {
-	return slices.Equal(a.Locals, b.Locals) && trial.SameBody(a.Body, b.Body)
-}
 
 // tell is a body with no more than is worth telling.
 func tell(c api.Code) api.Code {
@@ -475,14 +401,14 @@ func TestAllShortLists(t *testing.T) {
 	}
 	for n := range 4 {
 		trial.Words(alphabet, n, func(list []api.Local) {
-			count, e := modelCount(list)
+			count, e := trial.CountLocals(list)
 			checkCount(t, list, count, e)
 			types, e := modelTypes(api.FuncType{Params: "\x7e\x7f"}, list)
 			checkTypes(t, "\x7e\x7f", list, types, e)
 			layer.AgreesOn(t, code("\x01\x0b", list...))
 			layer.AgreesOn(t, code("\x01", list...))
-			one.Agrees(t, trial.Sized(groupBytes(list)+"\x01\x0b"))
-			one.Agrees(t, trial.Sized(groupBytes(list)+"\x01"))
+			one.Agrees(t, trial.Sized(trial.LocalBytes(list)+"\x01\x0b"))
+			one.Agrees(t, trial.Sized(trial.LocalBytes(list)+"\x01"))
 		})
 	}
 }
@@ -491,13 +417,13 @@ func TestAllShortLists(t *testing.T) {
 func TestNumberOfGroups(t *testing.T) {
 	for _, n := range []int{0, 1, 127, 128, 9999, 10000} {
 		c := code("\x0b", groups(n)...)
-		b := modelPut(c)
+		b := trial.CodeBytes(c)
 		layer.Writes(t, c, b)
 		one.Takes(t, b+"\x00", c, len(b))
 	}
 	for _, n := range []int{10001, 10002, 20000, 1 << 20} {
 		layer.Judges(t, code("\x0b", groups(n)...), 29)
-		b := trial.Sized(groupBytes(groups(n)) + "\x0b")
+		b := trial.Sized(trial.LocalBytes(groups(n)) + "\x0b")
 		one.Refuses(t, b, 29, len(trial.Uint(len(b))))
 	}
 	layer.Judges(t, code("\x0b", make([]api.Local, 10000)...), 7)
@@ -538,7 +464,7 @@ func TestShapes(t *testing.T) {
 		trial.Words([]byte(trial.Nop+trial.Block+trial.If+trial.Else+trial.End), n, func(ops []byte) {
 			c := code(string(ops), group(2, 0x7f))
 			layer.AgreesOn(t, c)
-			one.Agrees(t, modelPut(c))
+			one.Agrees(t, trial.CodeBytes(c))
 		})
 	}
 }
@@ -559,7 +485,7 @@ func TestLongBodies(t *testing.T) {
 	layer.Judges(t, code(strings.Repeat(trial.Else, 20001)), 29)
 	deep := strings.Repeat(trial.Block, 9999) + strings.Repeat(trial.End, 10000)
 	for _, c := range []api.Code{code(deep), code(trial.Nop+deep, group(1000, 0x7e))} {
-		b := modelPut(c)
+		b := trial.CodeBytes(c)
 		layer.Writes(t, c, b)
 		one.Takes(t, b, c, len(b))
 	}
@@ -669,7 +595,7 @@ func TestSizes(t *testing.T) {
 	}
 	// One with many labels has more bytes than may be in a module.
 	c := api.Code{Body: append(slices.Repeat([]api.Instr{{Op: 0x0e, L: make([]uint32, 10000)}}, 210), trial.Plains("\x0b")...)}
-	b := modelPut(c)
+	b := trial.CodeBytes(c)
 	layer.Writes(t, c, b)
 	if !strings.HasPrefix(b, "\xea\x9c\x80\x01\x00\x0e\x90\x4e") { // 210 times 10004, and 2
 		t.Errorf("% x", trial.Short(b))
@@ -711,7 +637,7 @@ func TestEveryInstruction(t *testing.T) {
 			for _, x := range []api.Instr{i, {Op: i.Op, A: 1}, {Op: i.Op, A: i.A, B: 1}, {Op: i.Op, A: i.A, L: []uint32{0}}} {
 				c := api.Code{Body: append([]api.Instr{x}, trial.Plains(ends)...)}
 				layer.AgreesOn(t, c)
-				one.Agrees(t, modelPut(c))
+				one.Agrees(t, trial.CodeBytes(c))
 			}
 		}
 	}
@@ -747,7 +673,7 @@ func TestSizesThatAreWrong(t *testing.T) {
 			all.Refuses(t, "\x02\x02\x00\x0b"+trial.Uint(n)+good[:n]+more, 2, 5+at)
 		}
 	}
-	want := modelGet(trial.NewModel("\x0f" + good))
+	want := trial.NewModel("\x0f" + good).Code()
 	one.Takes(t, "\x0f"+good, want, 16)
 	one.Takes(t, "\x0f"+good+"\x0b", want, 16)
 	for more := 1; more < 200; more++ {
@@ -899,7 +825,7 @@ func TestAnything(t *testing.T) {
 			}
 			list[at] = c
 			layer.AgreesOn(t, c)
-			n, e := modelCount(c.Locals)
+			n, e := trial.CountLocals(c.Locals)
 			checkCount(t, c.Locals, n, e)
 			types, e := modelTypes(api.FuncType{Params: "\x7e"}, c.Locals)
 			checkTypes(t, "\x7e", c.Locals, types, e)
@@ -991,7 +917,7 @@ func TestNewParts(t *testing.T) {
 		list := read()
 		spoil(list[at])
 		list[at] = want[at]
-		if !slices.EqualFunc(list, want, same) || !slices.EqualFunc(other, want, same) {
+		if !slices.EqualFunc(list, want, trial.SameCode) || !slices.EqualFunc(other, want, trial.SameCode) {
 			t.Errorf("%d: %+v, and those read ahead %+v", at, list, other)
 		}
 	}
@@ -999,7 +925,7 @@ func TestNewParts(t *testing.T) {
 	first := bodies.Get(s)
 	second := bodies.Get(s)
 	spoil(first)
-	if !same(second, want[1]) || !same(bodies.Get(s), want[2]) {
+	if !trial.SameCode(second, want[1]) || !trial.SameCode(bodies.Get(s), want[2]) {
 		t.Errorf("Get: %+v", second)
 	}
 }

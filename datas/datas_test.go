@@ -12,25 +12,7 @@ import (
 	"creel/trial"
 )
 
-// The model is written from the chapters with numbers of its own, and asks no layer.
-
-// modelRight is P15.1's first sentence.
-func modelRight(x api.Data) api.Errno {
-	if len(x.Bytes) >= 4194305 {
-		return 13
-	}
-	return trial.ConstError(x.Offset)
-}
-
-// modelPut is P15.1's second sentence, of a segment that may be.
-func modelPut(x api.Data) string { return trial.HeadBytes(x.Offset) + trial.Sized(x.Bytes) }
-
-// modelGet is P15.1's third sentence, which means nothing behind an error.
-func modelGet(m *trial.Model) api.Data {
-	x := api.Data{Offset: m.Head()}
-	m.Part(func(part *trial.Model) { x.Bytes = part.Bytes(len(part.B) - part.At) })
-	return x
-}
+// The model stands in package trial: it is written from the chapters with numbers of its own, and asks no layer.
 
 // What the tests are made of.
 
@@ -106,16 +88,16 @@ var layer = trial.Layer[api.Data]{
 	GetAll: datas.GetAll,
 	PutAll: datas.PutAll,
 
-	ModelRight: modelRight,
-	ModelPut:   modelPut,
-	ModelGet:   modelGet,
+	ModelRight: trial.DataError,
+	ModelPut:   trial.DataBytes,
+	ModelGet:   (*trial.Model).Data,
 
 	Samples: samples,
 	Wrong:   wrong,
 	Broken:  broken(),
 	Any:     anyData,
 	Other:   data(api.Instr{Op: 0x77, A: 7, B: 7}, "other"),
-	Same:    same,
+	Same:    trial.SameData,
 	Tell:    func(x api.Data) any { return tell(x) },
 }
 
@@ -124,8 +106,6 @@ var segments = trial.Segments[api.Data]{Layer: layer, With: filled, Most: most, 
 
 // one and all read a segment, and a list of them.
 var one, all = layer.One(), layer.All()
-
-func same(a, b api.Data) bool { return trial.SameInstr(a.Offset, b.Offset) && a.Bytes == b.Bytes }
 
 // tell is a segment with no more than is worth telling.
 func tell(x api.Data) api.Data {
@@ -237,7 +217,7 @@ func TestSizes(t *testing.T) {
 func TestTooManyBytes(t *testing.T) {
 	for _, n := range []int{most + 1, most + 2, 2 * most} {
 		x := filled(trial.I32(5), n)
-		b := modelPut(x)
+		b := trial.DataBytes(x)
 		one.Takes(t, b, x, len(b))
 		all.Takes(t, "\x01"+b, []api.Data{x}, 1+len(b))
 		layer.Judges(t, x, 13)
@@ -542,7 +522,7 @@ func TestArguments(t *testing.T) {
 		datas.Right(x)
 		datas.Put(x)
 	}
-	if !slices.EqualFunc(list, wantList, same) || !slices.EqualFunc(rooms, wantRooms, slices.Equal[[]uint32]) || !slices.Equal(taken, wantTaken) {
+	if !slices.EqualFunc(list, wantList, trial.SameData) || !slices.EqualFunc(rooms, wantRooms, slices.Equal[[]uint32]) || !slices.Equal(taken, wantTaken) {
 		t.Errorf("the list is %+v, the labels are %d, the values %x", list, rooms, taken)
 	}
 }
@@ -584,7 +564,7 @@ func TestNew(t *testing.T) {
 			checkPieces(t, list[:n], taken, 5, want[:n], 0)
 		}
 	}
-	if !slices.EqualFunc(list, []api.Data{data(trial.Imported(1), "ab"), data(trial.I32(0), "c"), data(trial.I32(5), "")}, same) || !slices.Equal(taken, []api.Value{{T: 0x7e}, {T: 0x7f, N: 3}}) {
+	if !slices.EqualFunc(list, []api.Data{data(trial.Imported(1), "ab"), data(trial.I32(0), "c"), data(trial.I32(5), "")}, trial.SameData) || !slices.Equal(taken, []api.Value{{T: 0x7e}, {T: 0x7f, N: 3}}) {
 		t.Errorf("the list is %+v, the values are %x", list, taken)
 	}
 }
@@ -596,7 +576,7 @@ func TestScannersGoOn(t *testing.T) {
 	first := datas.Get(s)
 	trial.Spoil(b, 0xee)
 	second := datas.Get(s)
-	if !same(first, data(trial.I32(5), "ab")) || !same(second, data(trial.Imported(1), "cde")) || !s.Done() {
+	if !trial.SameData(first, data(trial.I32(5), "ab")) || !trial.SameData(second, data(trial.Imported(1), "cde")) || !s.Done() {
 		t.Errorf("Get: %+v, %+v, At %d", first, second, s.At())
 	}
 	if stop := abort.Out(func() { datas.Get(s) }); stop != (abort.Stop{Why: 2, At: 15}) {

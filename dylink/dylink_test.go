@@ -14,126 +14,14 @@ import (
 	"creel/trial"
 )
 
-// The model is written from the chapters with numbers of its own, and asks no layer.
-
-// modelRight is P16.1.
-func modelRight(d api.Dylink) api.Errno {
-	if !d.Has {
-		if d.MemSize|d.MemAlign|d.TableSize|d.TableAlign != 0 || len(d.Needed) > 0 {
-			return 15
-		}
-		return 0
-	}
-	if max(d.MemAlign, d.TableAlign) >= 21 {
-		return 25
-	}
-	if len(d.Needed) >= 201 {
-		return 29
-	}
-	return modelNames(d.Needed)
-}
-
-// modelNames is P16.1's last part: each name has its own error ahead of being an earlier one.
-func modelNames(list []string) api.Errno {
-	seen := map[string]bool{}
-	for _, s := range list {
-		if e := trial.NameError(s); e != 0 {
-			return e
-		}
-		if seen[s] {
-			return 27
-		}
-		seen[s] = true
-	}
-	return 0
-}
+// The model is written from the chapters with numbers of its own, and asks no layer; most of it stands in package trial.
 
 // modelError is the one that P16.2 has.
 func modelError(d api.Dylink) api.Errno {
-	if e := modelRight(d); e != 0 || d.Has {
+	if e := trial.DylinkError(d); e != 0 || d.Has {
 		return e
 	}
 	return 15
-}
-
-// modelPut is P16.2, of what may be.
-func modelPut(d api.Dylink) string {
-	b := "\x01" + trial.Sized(fields(d.MemSize, d.MemAlign, d.TableSize, d.TableAlign))
-	if len(d.Needed) > 0 {
-		b += "\x02" + trial.Sized(namesBytes(d.Needed))
-	}
-	return b
-}
-
-// fields are the contents of the first subsection.
-func fields(list ...uint32) string {
-	var s string
-	for _, n := range list {
-		s += trial.Uint(n)
-	}
-	return s
-}
-
-// namesBytes are the contents of the second one.
-func namesBytes(list []string) string {
-	var s strings.Builder
-	s.WriteString(trial.Uint(len(list)))
-	for _, n := range list {
-		s.WriteString(trial.Sized(n))
-	}
-	return s.String()
-}
-
-// modelRead is P16.3, which means nothing behind an error.
-func modelRead(m *trial.Model) (d api.Dylink) {
-	from, count := m.At, 0
-	for m.At < len(m.B) && !m.Failed() {
-		count++
-		m.Byte(func(number byte) api.Errno {
-			if count > 2 || int(number) != count {
-				return 15
-			}
-			return 0
-		})
-		m.Part(func(part *trial.Model) {
-			if count == 1 {
-				modelInfo(part, &d)
-			} else {
-				d.Needed = modelNeeded(part)
-			}
-			part.End()
-		})
-	}
-	if count == 0 {
-		m.Fail(15, from)
-	}
-	d.Has = true
-	m.Fail(modelRight(d), from)
-	return d
-}
-
-// modelInfo is the first subsection's contents.
-func modelInfo(m *trial.Model, d *api.Dylink) {
-	d.MemSize = m.Index()
-	d.MemAlign = m.Index()
-	d.TableSize = m.Index()
-	d.TableAlign = m.Index()
-}
-
-// modelNeeded is the second one's.
-func modelNeeded(m *trial.Model) (list []string) {
-	at := m.At
-	n := m.Count()
-	if n == 0 {
-		m.Fail(15, at)
-	}
-	for range n {
-		if m.Failed() {
-			break
-		}
-		list = append(list, m.Name())
-	}
-	return list
 }
 
 // What the tests are made of.
@@ -232,11 +120,6 @@ func wrong() []trial.Bad[api.Dylink] {
 
 // Checks.
 
-// same takes a nil list and an empty one for the same.
-func same(a, b api.Dylink) bool {
-	return a.Has == b.Has && a.MemSize == b.MemSize && a.MemAlign == b.MemAlign && a.TableSize == b.TableSize && a.TableAlign == b.TableAlign && slices.Equal(a.Needed, b.Needed)
-}
-
 // told is what of d is worth telling.
 type told struct {
 	d     api.Dylink
@@ -257,8 +140,8 @@ func tell(d api.Dylink) told {
 var read = trial.Reader[api.Dylink]{
 	Name:  "Read",
 	Read:  dylink.Read,
-	Model: modelRead,
-	Same:  same,
+	Model: (*trial.Model).Dylink,
+	Same:  trial.SameDylink,
 	Tell:  func(d api.Dylink) any { return tell(d) },
 }
 
@@ -303,9 +186,9 @@ func writes(t *testing.T, d api.Dylink, want string) {
 // agrees checks that d has the error, or the bytes, that the model says.
 func agrees(t *testing.T, d api.Dylink) {
 	t.Helper()
-	judges(t, d, modelRight(d))
+	judges(t, d, trial.DylinkError(d))
 	if modelError(d) == 0 {
-		writes(t, d, modelPut(d))
+		writes(t, d, trial.DylinkBytes(d))
 	}
 }
 
@@ -553,7 +436,7 @@ func TestSizesOfContents(t *testing.T) {
 		{sized(slices.Repeat([]int{200}, 200)...), "\xd2\xbb\x02"},
 	} {
 		d := needs(x.names...)
-		b := none + "\x02" + x.size + namesBytes(x.names)
+		b := none + "\x02" + x.size + trial.NeededBytes(x.names)
 		writes(t, d, b)
 		takes(t, b, d)
 	}
@@ -598,12 +481,12 @@ func TestCutOff(t *testing.T) {
 			case 0:
 				read.Refuses(t, "", 15, 0)
 			case x.whole:
-				takes(t, x.b[:n], modelRead(trial.NewModel(x.b[:n])))
+				takes(t, x.b[:n], trial.NewModel(x.b[:n]).Dylink())
 			default:
 				read.Refuses(t, x.b[:n], 2, at)
 			}
 		}
-		takes(t, x.b, modelRead(trial.NewModel(x.b)))
+		takes(t, x.b, trial.NewModel(x.b).Dylink())
 	}
 }
 
@@ -762,10 +645,10 @@ func TestNoNames(t *testing.T) {
 // TestMostNames has 200 names and one more, which are read whole, and more than 10000, which are not.
 func TestMostNames(t *testing.T) {
 	for _, n := range []int{1, 127, 128, 199, 200} {
-		takes(t, none+list(namesBytes(numbered(n))), needs(numbered(n)...))
+		takes(t, none+list(trial.NeededBytes(numbered(n))), needs(numbered(n)...))
 	}
 	for _, n := range []int{201, 202, 256, 1000, 9999, 10000} {
-		b := namesBytes(numbered(n))
+		b := trial.NeededBytes(numbered(n))
 		from, last := begin(b), len(b)-len("m")-len(strconv.Itoa(n-1))
 		read.Refuses(t, none+list(b), 29, 0)
 		read.Refuses(t, none+list(trial.Uint(n)+strings.Repeat("\x01a", n)), 29, 0) // equal ones
@@ -777,7 +660,7 @@ func TestMostNames(t *testing.T) {
 		read.Refuses(t, none+list(b+"\x00"), 14, begin(b+"\x00")+len(b))
 	}
 	for _, n := range []int{10001, 10002, 20000, 65536} {
-		b := namesBytes(numbered(n))
+		b := trial.NeededBytes(numbered(n))
 		read.Refuses(t, none+list(b), 29, begin(b))
 		read.Refuses(t, none+list(b)+"\x03", 29, begin(b))
 		read.Refuses(t, info("\x00\x15\x00\x00")+list(b), 29, begin(b))
@@ -850,7 +733,7 @@ func TestEqualNamesAreRead(t *testing.T) {
 	for _, pair := range [][2]int{{0, 1}, {0, 199}, {50, 150}, {198, 199}} {
 		names := numbered(200)
 		names[pair[1]] = names[pair[0]]
-		read.Refuses(t, none+list(namesBytes(names)), 27, 0)
+		read.Refuses(t, none+list(trial.NeededBytes(names)), 27, 0)
 	}
 }
 
@@ -896,11 +779,11 @@ func TestReadersGoOn(t *testing.T) {
 		for _, lead := range []string{"\x00", none, "\x02\x03\x01\x01a", strings.Repeat("\xff", 300)} {
 			s := scan.Over([]byte(lead + x.B))
 			s.Bytes(len(lead))
-			if got, stop := try(s); !same(got, x.E) || stop != (abort.Stop{}) || s.At() != len(lead)+len(x.B) || !s.Done() {
+			if got, stop := try(s); !trial.SameDylink(got, x.E) || stop != (abort.Stop{}) || s.At() != len(lead)+len(x.B) || !s.Done() {
 				t.Errorf("Read behind % x: %+v, %v, then At %d, want %+v", trial.Short(lead), tell(got), stop, s.At(), tell(x.E))
 			}
 			// There is nothing to read then.
-			if got, stop := try(s); !same(got, api.Dylink{}) || stop != (abort.Stop{Why: 15, At: len(lead) + len(x.B)}) {
+			if got, stop := try(s); !trial.SameDylink(got, api.Dylink{}) || stop != (abort.Stop{Why: 15, At: len(lead) + len(x.B)}) {
 				t.Errorf("Read of nothing: %+v, %v", tell(got), stop)
 			}
 		}
@@ -908,10 +791,10 @@ func TestReadersGoOn(t *testing.T) {
 	// A reader of a part reads only this, and a part of a part likewise.
 	s := scan.Over([]byte("\xff" + none + list("\x01\x01a") + "\x03\x03"))
 	s.Byte()
-	if got, stop := try(s.Sub(6)); !same(got, needs()) || stop != (abort.Stop{}) {
+	if got, stop := try(s.Sub(6)); !trial.SameDylink(got, needs()) || stop != (abort.Stop{}) {
 		t.Errorf("Read of a part: %+v, %v", tell(got), stop)
 	}
-	if got, stop := try(s); !same(got, api.Dylink{}) || stop != (abort.Stop{Why: 15, At: 7}) {
+	if got, stop := try(s); !trial.SameDylink(got, api.Dylink{}) || stop != (abort.Stop{Why: 15, At: 7}) {
 		t.Errorf("Read behind it: %+v, %v", tell(got), stop)
 	}
 }
@@ -1040,7 +923,7 @@ func TestKept(t *testing.T) {
 		s := scan.Over(b)
 		trial.Spoil(b, 0xee)
 		got, stop := try(s)
-		if !same(got, x.E) || stop != (abort.Stop{}) {
+		if !trial.SameDylink(got, x.E) || stop != (abort.Stop{}) {
 			t.Errorf("Read: %+v, %v, want %+v", tell(got), stop, tell(x.E))
 		}
 		put, _ := dylink.Put(x.E)
@@ -1053,7 +936,7 @@ func TestKept(t *testing.T) {
 	b := []byte(none + list("\x02\x01a\x02bc"))
 	got, _ := try(scan.Over(b))
 	trial.Spoil(b, 0xee)
-	if !same(got, needs("a", "bc")) {
+	if !trial.SameDylink(got, needs("a", "bc")) {
 		t.Errorf("Read: %+v", tell(got))
 	}
 }
@@ -1073,11 +956,11 @@ func TestNew(t *testing.T) {
 		second, _ := try(scan.Over(s))
 		trial.Spoil(first.Needed, "spoilt")
 		third, _ := try(scan.Over(s))
-		if !same(second, x.E) || !same(third, x.E) || string(s) != x.B {
+		if !trial.SameDylink(second, x.E) || !trial.SameDylink(third, x.E) || string(s) != x.B {
 			t.Errorf("Read: %+v and %+v, want %+v", tell(second), tell(third), tell(x.E))
 		}
 	}
-	if !slices.EqualFunc(samples(), samples(), func(a, b trial.Sample[api.Dylink]) bool { return same(a.E, b.E) && a.B == b.B }) {
+	if !slices.EqualFunc(samples(), samples(), func(a, b trial.Sample[api.Dylink]) bool { return trial.SameDylink(a.E, b.E) && a.B == b.B }) {
 		t.Errorf("the samples have changed")
 	}
 }

@@ -13,33 +13,7 @@ import (
 	"creel/trial"
 )
 
-// The model is written from the chapters with numbers of its own, and asks no layer.
-
-// modelRight is P13.1's first sentence.
-func modelRight(x api.Elem) api.Errno {
-	if len(x.Funcs) >= 10001 {
-		return 29
-	}
-	return trial.ConstError(x.Offset)
-}
-
-// modelPut is P13.1's second sentence, of a segment that may be.
-func modelPut(x api.Elem) string {
-	var s strings.Builder
-	for _, f := range x.Funcs {
-		s.WriteString(trial.Uint(f))
-	}
-	return trial.HeadBytes(x.Offset) + trial.Uint(len(x.Funcs)) + s.String()
-}
-
-// modelGet is P13.1's third sentence, which means nothing behind an error.
-func modelGet(m *trial.Model) api.Elem {
-	x := api.Elem{Offset: m.Head()}
-	for n := m.Count(); n > 0 && !m.Failed(); n-- {
-		x.Funcs = append(x.Funcs, m.Index())
-	}
-	return x
-}
+// The model stands in package trial: it is written from the chapters with numbers of its own, and asks no layer.
 
 // What the tests are made of.
 
@@ -106,16 +80,16 @@ var layer = trial.Layer[api.Elem]{
 	GetAll: elems.GetAll,
 	PutAll: elems.PutAll,
 
-	ModelRight: modelRight,
-	ModelPut:   modelPut,
-	ModelGet:   modelGet,
+	ModelRight: trial.ElemError,
+	ModelPut:   trial.ElemBytes,
+	ModelGet:   (*trial.Model).Elem,
 
 	Samples: samples,
 	Wrong:   wrong,
 	Broken:  broken(),
 	Any:     anyElem,
 	Other:   elem(api.Instr{Op: 0x77, A: 7, B: 7}, 7, 7, 7),
-	Same:    same,
+	Same:    trial.SameElem,
 	Tell:    func(x api.Elem) any { return tell(x) },
 }
 
@@ -124,11 +98,6 @@ var segments = trial.Segments[api.Elem]{Layer: layer, With: filled, Most: 10000,
 
 // one reads a segment.
 var one = layer.One()
-
-// same takes a nil list and an empty one for the same.
-func same(a, b api.Elem) bool {
-	return trial.SameInstr(a.Offset, b.Offset) && slices.Equal(a.Funcs, b.Funcs)
-}
 
 // tell is a segment with no more than is worth telling.
 func tell(x api.Elem) api.Elem {
@@ -231,7 +200,7 @@ func TestPutOfMany(t *testing.T) {
 		layer.Writes(t, x, b)
 		one.Takes(t, b, x, len(b))
 		x = filled(trial.Imported(7), n)
-		b = modelPut(x)
+		b = trial.ElemBytes(x)
 		layer.Writes(t, x, b)
 		one.Takes(t, b+"\x00", x, len(b))
 		one.Refuses(t, b[:len(b)-1], 2, len(b)-len(trial.Uint(x.Funcs[n-1])))
@@ -508,7 +477,7 @@ func TestArguments(t *testing.T) {
 		elems.Right(x)
 		elems.Put(x)
 	}
-	if !slices.EqualFunc(list, wantList, same) || !sameNumbers(rooms, wantRooms) || !slices.Equal(taken, wantTaken) {
+	if !slices.EqualFunc(list, wantList, trial.SameElem) || !sameNumbers(rooms, wantRooms) || !slices.Equal(taken, wantTaken) {
 		t.Errorf("the list is %+v, the numbers are %d, the values %x", list, rooms, taken)
 	}
 }
@@ -568,7 +537,7 @@ func TestNewFunctions(t *testing.T) {
 		list := read()
 		trial.Spoil(list[at].Funcs, 99)
 		list[at] = want[at]
-		if !slices.EqualFunc(list, want, same) || !slices.EqualFunc(other, want, same) {
+		if !slices.EqualFunc(list, want, trial.SameElem) || !slices.EqualFunc(other, want, trial.SameElem) {
 			t.Errorf("%d: %+v, and those read ahead %+v", at, list, other)
 		}
 	}
@@ -576,7 +545,7 @@ func TestNewFunctions(t *testing.T) {
 	first := elems.Get(s)
 	second := elems.Get(s)
 	trial.Spoil(first.Funcs, 99)
-	if !same(second, want[1]) || !same(elems.Get(s), want[2]) {
+	if !trial.SameElem(second, want[1]) || !trial.SameElem(elems.Get(s), want[2]) {
 		t.Errorf("Get: %+v", second)
 	}
 }

@@ -11,29 +11,7 @@ import (
 	"creel/trial"
 )
 
-// The model is written from the chapters with numbers of its own, and asks no layer.
-
-// modelRight is P11.1's first sentence.
-func modelRight(x api.Export) api.Errno {
-	if e := trial.NameError(x.Name); e != 0 {
-		return e
-	}
-	return trial.UpTo(3, 43)(x.Kind)
-}
-
-// modelPut is P11.1's last sentence, of an export that may be.
-func modelPut(x api.Export) string {
-	return trial.Sized(x.Name) + string([]byte{x.Kind}) + trial.Uint(x.Index)
-}
-
-// modelGet is P11.2's first sentence.
-func modelGet(m *trial.Model) api.Export {
-	var x api.Export
-	x.Name = m.Name()
-	x.Kind = m.Byte(trial.UpTo(3, 43))
-	x.Index = m.Index()
-	return x
-}
+// The model is written from the chapters with numbers of its own, and asks no layer; most of it stands in package trial.
 
 // modelFind is P11.3's first sentence.
 func modelFind(list []api.Export, name string) (api.Export, bool) {
@@ -118,9 +96,9 @@ var layer = trial.Layer[api.Export]{
 	GetAll: exports.GetAll,
 	PutAll: exports.PutAll,
 
-	ModelRight: modelRight,
-	ModelPut:   modelPut,
-	ModelGet:   modelGet,
+	ModelRight: trial.ExportError,
+	ModelPut:   trial.ExportBytes,
+	ModelGet:   (*trial.Model).Export,
 
 	Samples: samples,
 	Wrong:   wrong,

@@ -10,32 +10,7 @@ import (
 	"creel/trial"
 )
 
-// The model is written from the chapters with numbers of its own, and asks no layer.
-
-// modelRight is P12.1's first sentence.
-func modelRight(g api.Global) api.Errno {
-	if e := trial.TypeError(g.Type.T); e != 0 {
-		return e
-	}
-	return trial.ConstError(g.Init)
-}
-
-// modelPut is P12.1's second sentence, of a global that may be.
-func modelPut(g api.Global) string {
-	mut := "\x00"
-	if g.Type.Mut {
-		mut = "\x01"
-	}
-	return string([]byte{g.Type.T}) + mut + trial.ConstBytes(g.Init)
-}
-
-// modelGet is P12.1's third sentence.
-func modelGet(m *trial.Model) api.Global {
-	var g api.Global
-	g.Type = m.Global()
-	g.Init = m.Const()
-	return g
-}
+// The model is written from the chapters with numbers of its own, and asks no layer; most of it stands in package trial.
 
 // modelTaken is P12.2's second sentence.
 func modelTaken(list []api.Import) []api.GlobalType {
@@ -128,23 +103,21 @@ var layer = trial.Layer[api.Global]{
 	GetAll: globals.GetAll,
 	PutAll: globals.PutAll,
 
-	ModelRight: modelRight,
-	ModelPut:   modelPut,
-	ModelGet:   modelGet,
+	ModelRight: trial.GlobalError,
+	ModelPut:   trial.GlobalBytes,
+	ModelGet:   (*trial.Model).Global,
 
 	Samples: samples,
 	Wrong:   wrong,
 	Broken:  broken(),
 	Any:     anyGlobal,
 	Other:   mutable(0x77, api.Instr{Op: 0x77, A: 7, B: 7}),
-	Same:    same,
+	Same:    trial.SameGlobal,
 	Tell:    told,
 }
 
 // one reads a global.
 var one = layer.One()
-
-func same(a, b api.Global) bool { return a.Type == b.Type && trial.SameInstr(a.Init, b.Init) }
 
 // told is a global with no more of its labels than is worth telling.
 func told(g api.Global) any {
@@ -709,7 +682,7 @@ func TestArguments(t *testing.T) {
 	}
 	globals.Right(list[2])
 	globals.Put(list[2])
-	if !slices.EqualFunc(list, whole, same) || !slices.Equal(labels, []uint32{1, 2, 3}) {
+	if !slices.EqualFunc(list, whole, trial.SameGlobal) || !slices.Equal(labels, []uint32{1, 2, 3}) {
 		t.Errorf("the list is %+v, the labels are %d", list, labels)
 	}
 	if !slices.Equal(imports, imported()) || !slices.Equal(taken, values()) {

@@ -11,73 +11,7 @@ import (
 	"creel/trial"
 )
 
-// The model is written from the chapters with numbers of its own, and asks no layer.
-
-// modelRight is P10.1's first sentence.
-func modelRight(x api.Import) api.Errno {
-	if e := trial.NameError(x.Module); e != 0 {
-		return e
-	}
-	if e := trial.NameError(x.Name); e != 0 {
-		return e
-	}
-	if x.Kind > 3 {
-		return 43
-	}
-	limits := x.Limits.Min != 0 || x.Limits.Max != 0 || x.Limits.Bound
-	global := x.Global.T != 0 || x.Global.Mut
-	switch {
-	case x.Kind != 0 && x.Type != 0,
-		(x.Kind == 0 || x.Kind == 3) && limits,
-		x.Kind != 3 && global,
-		x.Limits.Max != 0 && !x.Limits.Bound:
-		return 1
-	case x.Kind == 3:
-		return trial.TypeError(x.Global.T)
-	}
-	return 0
-}
-
-func modelLimits(l api.Limits) string {
-	if l.Bound {
-		return "\x01" + trial.Uint(l.Min) + trial.Uint(l.Max)
-	}
-	return "\x00" + trial.Uint(l.Min)
-}
-
-// modelPut is P10.1's last sentence, of an import that may be.
-func modelPut(x api.Import) string {
-	s := trial.Sized(x.Module) + trial.Sized(x.Name)
-	switch x.Kind {
-	case 0:
-		return s + "\x00" + trial.Uint(x.Type)
-	case 1:
-		return s + "\x01\x70" + modelLimits(x.Limits)
-	case 2:
-		return s + "\x02" + modelLimits(x.Limits)
-	}
-	if x.Global.Mut {
-		return s + "\x03" + string([]byte{x.Global.T}) + "\x01"
-	}
-	return s + "\x03" + string([]byte{x.Global.T}) + "\x00"
-}
-
-// modelGet is P10.2's first sentence.
-func modelGet(m *trial.Model) api.Import {
-	x := api.Import{Module: m.Name(), Name: m.Name(), Kind: m.Byte(trial.UpTo(3, 43))}
-	switch x.Kind {
-	case 0:
-		x.Type = m.Index()
-	case 1:
-		m.Byte(trial.Only(0x70, 7))
-		x.Limits = m.Limits()
-	case 2:
-		x.Limits = m.Limits()
-	case 3:
-		x.Global = m.Global()
-	}
-	return x
-}
+// The model is written from the chapters with numbers of its own, and asks no layer; most of it stands in package trial.
 
 // modelOf is P10.3's first sentence.
 func modelOf(list []api.Import, kind byte) []api.Import {
@@ -138,9 +72,9 @@ var layer = trial.Layer[api.Import]{
 	GetAll: imports.GetAll,
 	PutAll: imports.PutAll,
 
-	ModelRight: modelRight,
-	ModelPut:   modelPut,
-	ModelGet:   modelGet,
+	ModelRight: trial.ImportError,
+	ModelPut:   trial.ImportBytes,
+	ModelGet:   (*trial.Model).Import,
 
 	Samples: samples,
 	Wrong:   wrong,

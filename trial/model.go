@@ -202,8 +202,8 @@ func NameError(s string) api.Errno {
 	return 0
 }
 
-// Global is the type of a global.
-func (m *Model) Global() api.GlobalType {
+// GlobalType is that of a global.
+func (m *Model) GlobalType() api.GlobalType {
 	var g api.GlobalType
 	g.T = m.Byte(TypeError)
 	g.Mut = m.Byte(UpTo(1, 10)) == 1

@@ -92,7 +92,7 @@ func TestModel(t *testing.T) {
 	index := func(m *trial.Model) any { return m.Index() }
 	count := func(m *trial.Model) any { return m.Count() }
 	limits := func(m *trial.Model) any { return m.Limits() }
-	global := func(m *trial.Model) any { return m.Global() }
+	global := func(m *trial.Model) any { return m.GlobalType() }
 	end := func(m *trial.Model) any { m.End(); return nil }
 	only := func(m *trial.Model) any { return m.Byte(trial.Only(5, 7)) }
 	list := func(m *trial.Model) any { return len(trial.List(m, (*trial.Model).Name)) }
@@ -154,7 +154,7 @@ func TestFirstErrorOfAModel(t *testing.T) {
 	m.Fail(1, 1)
 	m.Byte(trial.Only(1, 2))
 	m.Name()
-	m.Global()
+	m.GlobalType()
 	m.End()
 	if m.Stop != (abort.Stop{Why: 9, At: 0}) {
 		t.Errorf("%v", m.Stop)
